@@ -212,8 +212,8 @@ func (p *parser) exbind() int {
 	if !p.take("=") {
 		return p.conOf(at, name)
 	}
-	from := p.here()
 	p.take("op")
+	from := p.here() // behind the `op`, which is the exbind's, not the long name's
 	return p.put(at, api.NSame, name, p.putNamed(from, api.EName, p.long()))
 }
 

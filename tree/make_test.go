@@ -730,13 +730,10 @@ func (m *maker) exbind() *sprout {
 	}
 	m.put(api.TName, "E")
 	m.word("=")
-	from := m.next()
 	if m.chance(3) {
 		m.word("op")
 	}
-	to := m.long(api.EName, "F", "+")
-	to.Line, to.Column = from.line, from.column
-	return node(at, api.NSame, "E", to)
+	return node(at, api.NSame, "E", m.long(api.EName, "F", "+"))
 }
 
 // Modules.
