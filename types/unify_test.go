@@ -118,6 +118,11 @@ func TestUnifyLargeWithin(t *testing.T) {
 	d.refuses("{a : wider, b : x}", "{a : int, b : wide}", api.ErrUnify)
 	d.refuses("{a : x, b : wider, c : int}", "{a : wide, b : y, c : real}", api.ErrLong)
 	d.refuses("{a : x, b : int, c : wider}", "{a : wide, b : real, c : y}", api.ErrUnify)
+	// So it is of fields of open variables.
+	d.open("r", 1, "{a : x, b : wider}")
+	d.refuses("r", "{a : wide, b : int}", api.ErrLong)
+	d.open("s", 1, "{a : wide, b : int}")
+	d.refuses("r", "s", api.ErrLong)
 	// The pair itself has become too large.
 	d.types["more"] = d.wide(41, "y")
 	d.refuses("x * more", "wide * y", api.ErrOccurs)
@@ -644,6 +649,7 @@ func TestUnifyShared(t *testing.T) {
 	d.covers("x0", "x0", "", "z0", false)
 	d.covers("", "z0", "", "z0", false)
 	d.covers("z59", "z0", "z59", "int", false)
+	d.covers("", "z0", "", "x0", false)
 	if s, e := d.b.Text(d.types["z0"]); s != "" || e != api.ErrLong {
 		t.Errorf("Text: %d bytes, %d", len(s), e)
 	}
