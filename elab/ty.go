@@ -1,0 +1,99 @@
+package elab
+
+import (
+	"cmp"
+	"slices"
+	"strings"
+
+	"kiln/api"
+)
+
+func (w *walker) tyVariable(i int) int {
+	t, ok := w.tyvar(w.nodes[i].Text)
+	if !ok {
+		w.check(i, api.ErrUnbound)
+	}
+	return t
+}
+
+func (w *walker) tyCon(i int) int {
+	n := w.nodes[i]
+	typ, ok := w.env.typ(n.Path, n.Text)
+	if !ok {
+		w.check(i, api.ErrUnbound)
+	}
+	var args []int
+	for _, k := range n.Kids {
+		args = append(args, w.ty(k))
+	}
+	return w.put(i, typ.Scheme, args)
+}
+
+func (w *walker) tyRec(i int) int { return w.record(i, w.fields(w.nodes[i].Kids, w.ty)) }
+
+func (w *walker) tyArrow(i int) int {
+	n := w.nodes[i]
+	from := w.ty(n.Kids[0])
+	return w.arrow(i, from, w.ty(n.Kids[1]))
+}
+
+// field is a label with a type.
+type field struct {
+	label string
+	t     int
+}
+
+// fields goes over the NFields of a record, in the order in which they stand.
+func (w *walker) fields(nodes []int, of func(int) int) []field {
+	var l []field
+	for _, k := range nodes {
+		n := w.nodes[k]
+		l = append(l, field{n.Text, of(n.Kids[0])})
+	}
+	return l
+}
+
+// inOrder are the labels and the types of fields, as the book takes them.
+func inOrder(l []field) ([]string, []int) {
+	slices.SortStableFunc(l, func(a, b field) int { return compareLabels(a.label, b.label) })
+	var labels []string
+	var types []int
+	for _, f := range l {
+		labels, types = append(labels, f.label), append(types, f.t)
+	}
+	return labels, types
+}
+
+// record is the type of a record with these fields.
+func (w *walker) record(node int, l []field) int {
+	labels, types := inOrder(l)
+	t, e := w.book.Record(labels, types...)
+	w.check(node, e)
+	return t
+}
+
+// openRecord is a variable for the records that have these fields at least.
+func (w *walker) openRecord(node int, l []field) int {
+	labels, types := inOrder(l)
+	t, e := w.book.Open(w.depth(), labels, types...)
+	w.check(node, e)
+	return t
+}
+
+// compareLabels is below 0, 0 or above 0, as the first label stands ahead of the second one, is it, or stands behind it.
+func compareLabels(a, b string) int {
+	switch one, other := isNumber(a), isNumber(b); {
+	case one && other: // of numbers without a zero ahead the longer one is the greater one
+		return cmp.Or(cmp.Compare(len(a), len(b)), strings.Compare(a, b))
+	case one:
+		return -1
+	case other:
+		return 1
+	}
+	return strings.Compare(a, b)
+}
+
+// isNumber tells whether a label is one of digits alone, without a zero ahead.
+func isNumber(label string) bool {
+	return label != "" && label[0] != '0' && strings.Trim(label, "0123456789") == ""
+}

@@ -1,0 +1,121 @@
+package elab
+
+import (
+	"slices"
+
+	"kiln/api"
+)
+
+// walker goes over a declaration, or a type.
+type walker struct {
+	*Elab
+	scope
+	ways
+	bound   *binder  // of the patterns that are gone over
+	cons    []int    // the type constructors that were made, rising
+	prims   []use    // each EName of a primitive, with the type that stands for its variable with a class, or none
+	records []use    // each PRecord, with its type
+	old     []former // what notes were before
+}
+
+// use is a node with a type that it has at a place: a node may stand at several.
+type use struct{ node, t int }
+
+// former is a node's note as it was.
+type former struct {
+	node int
+	note api.Note
+}
+
+// fault is what is wrong, and at which node.
+type fault struct {
+	node  int
+	errno api.Errno
+}
+
+func newWalker(e *Elab) *walker {
+	return &walker{Elab: e, scope: ground{}, ways: newWays()}
+}
+
+// try does some work, and answers the place of the fault that ends it, if there is one; then names, notes and numbers are as before.
+func (w *walker) try(work func()) (line, column int, e api.Errno) {
+	before, next := w.env.mark(), w.next
+	defer func() {
+		r := recover()
+		if r == nil {
+			return
+		}
+		f, ok := r.(fault)
+		if !ok {
+			panic(r)
+		}
+		w.env.cut(before)
+		w.next = next
+		w.unnote()
+		line, column, e = w.nodes[f.node].Line, w.nodes[f.node].Column, f.errno
+	}()
+	work()
+	return 0, 0, api.OK
+}
+
+// unnote makes all notes what they were.
+func (w *walker) unnote() {
+	for _, f := range slices.Backward(w.old) {
+		w.notes[f.node] = f.note
+	}
+}
+
+// check ends the work, if there is an error.
+func (w *walker) check(node int, e api.Errno) {
+	if e != api.OK {
+		panic(fault{node, e})
+	}
+}
+
+// note says what is known of a node.
+func (w *walker) note(node int, n api.Note) {
+	w.old = append(w.old, former{node, w.notes[node]})
+	w.notes[node] = n
+}
+
+// noteEntry says of a node what its name stands for.
+func (w *walker) noteEntry(node int, e api.Entry) {
+	switch e.Is {
+	case api.SVar:
+		w.note(node, api.Note{Is: api.SVar, At: e.At})
+	case api.SCon:
+		w.note(node, api.Note{Is: api.SCon, Con: e.Con, Tag: e.Tag, Count: e.Count, Arg: e.Arg})
+	case api.SExn:
+		w.note(node, api.Note{Is: api.SExn, At: e.At, Arg: e.Arg})
+	case api.SPrim:
+		w.note(node, api.Note{Is: api.SPrim, Name: e.Name, Con: -1})
+	}
+}
+
+// The calls of the book: what they make, or the fault at a node.
+
+func (w *walker) variable(node int) int {
+	t, e := w.book.Var(w.depth(), false, api.Any)
+	w.check(node, e)
+	return t
+}
+
+func (w *walker) arrow(node, from, to int) int {
+	t, e := w.book.Arrow(from, to)
+	w.check(node, e)
+	return t
+}
+
+func (w *walker) instance(node int, s api.Scheme) int {
+	t, _, e := w.book.Instance(s, w.depth())
+	w.check(node, e)
+	return t
+}
+
+func (w *walker) put(node int, s api.Scheme, args []int) int {
+	t, e := w.book.Put(s, args...)
+	w.check(node, e)
+	return t
+}
+
+func (w *walker) unify(node, s, t int) { w.check(node, w.book.Unify(s, t)) }
