@@ -1,0 +1,236 @@
+package elab
+
+import (
+	"reflect"
+	"testing"
+
+	"kiln/api"
+)
+
+// Rule 1: DRec of a hand-made tree: no name, a long name, a name twice, no function.
+func TestStrangeRec(t *testing.T) {
+	for name, pattern := range map[string]api.Node{"no name": {Kind: api.PWild}, "a long name": {Kind: api.PName, Text: "x", Path: []string{"A"}}, "a PAs": {Kind: api.PAs, Text: "x", Kids: []int{0}}} {
+		d := newDesk(t)
+		d.hand(api.PWild, "")
+		d.l = append(d.l, pattern)
+		typed := d.hand(api.PTyped, "", 1, d.hand(api.TCon, "int"))
+		bind := d.hand(api.NBind, "", typed, d.hand(api.NInt, "1"))
+		d.handTop(d.hand(api.DRec, "", bind))
+		if at, e := d.dec(d.root - 1); e != api.ErrRec || at != bind {
+			t.Errorf("%s: %v at %d", name, e, at)
+		}
+	}
+	d := newDesk(t)
+	one := d.hand(api.NBind, "", d.hand(api.PName, "x"), d.hand(api.NInt, "1"))
+	other := d.hand(api.NBind, "", d.hand(api.PName, "x"), d.hand(api.NString, ""))
+	d.handTop(d.hand(api.DRec, "", one, other))
+	if at, e := d.dec(d.root - 1); e != api.OK {
+		t.Errorf("a name twice: %v at %d", e, at)
+	}
+	d.is("x", "string")
+}
+
+// Rule 1: type declarations of a hand-made tree: type variables that do not stand ahead, or twice.
+func TestStrangeTypeVariables(t *testing.T) {
+	d := newDesk(t)
+	tyvar := d.hand(api.TVar, "'b")
+	d.handTop(d.hand(api.DType, "", d.hand(api.NTybind, "t", d.hand(api.TVar, "'a"), tyvar)))
+	if at, e := d.dec(d.root - 1); e != api.ErrUnbound || at != tyvar {
+		t.Errorf("a type: %v at %d", e, at)
+	}
+	d = newDesk(t)
+	tyvar = d.hand(api.TVar, "'b")
+	d.handTop(d.hand(api.DData, "", d.hand(api.NDatbind, "t", d.hand(api.TVar, "'a"), d.hand(api.NCon, "A", tyvar))))
+	if at, e := d.dec(d.root - 1); e != api.ErrUnbound || at != tyvar {
+		t.Errorf("a datatype: %v at %d", e, at)
+	}
+	d = newDesk(t)
+	first, second, third := d.hand(api.TVar, "'a"), d.hand(api.TVar, "'a"), d.hand(api.TVar, "'a")
+	d.handTop(d.hand(api.DType, "", d.hand(api.NTybind, "t", first, second, third)))
+	if at, e := d.dec(d.root - 1); e != api.OK {
+		t.Fatalf("twice: %v at %d", e, at)
+	}
+	if s := d.typ("t").Scheme; len(s.Vars) != 2 || s.Type != s.Vars[1] {
+		t.Errorf("twice: %v: not the last one", s)
+	}
+}
+
+// Rule 1: within a DVal a datatype may name a type variable of it, in a hand-made tree: then that one's equality counts.
+func TestStrangeDatatypes(t *testing.T) {
+	for name, want := range map[string]api.Equality{"'b": api.Never, "''b": api.If} {
+		d := newDesk(t)
+		data := d.hand(api.DData, "", d.hand(api.NDatbind, "t", d.hand(api.NCon, "A", d.hand(api.TVar, name))))
+		let := d.hand(api.ELet, "", d.hand(api.NDecs, "", data), d.hand(api.NInt, "1"))
+		d.handVal(d.hand(api.PWild, ""), let)
+		if at, e := d.dec(d.root); e != api.OK {
+			t.Fatalf("%v at %d", e, at)
+		}
+		con := 9 // behind bool and list
+		for {
+			if _, _, _, ok := d.e.Book().Named(con + 1); !ok {
+				break
+			}
+			con++
+		}
+		if _, _, got, _ := d.e.Book().Named(con); got != want {
+			t.Errorf("%s: equality %d; want %d", name, got, want)
+		}
+	}
+}
+
+// Rule 1: constructors of one name twice in a hand-made tree.
+func TestStrangeConstructors(t *testing.T) {
+	d := newDesk(t)
+	bind := d.hand(api.NDatbind, "t", d.hand(api.NCon, "B"), d.hand(api.NCon, "A"), d.hand(api.NCon, "B", d.hand(api.TCon, "int")))
+	again := d.hand(api.NDatbind, "t", d.hand(api.NCon, "C", d.hand(api.TCon, "t")))
+	d.handTop(d.hand(api.DData, "", bind, again))
+	if at, e := d.dec(d.root - 1); e != api.OK {
+		t.Fatalf("%v at %d", e, at)
+	}
+	if got := d.val("B"); !got.Arg || got.Tag != 1 || got.Count != 3 {
+		t.Errorf("B: %v", got)
+	}
+	d.is("C", "t -> t")
+	if d.val("C").Con == d.val("A").Con {
+		t.Error("two datatypes are one")
+	}
+}
+
+// Rule 1: nodes that stand at several places.
+func TestSharedNodes(t *testing.T) {
+	d := newDesk(t)
+	plus := d.hand(api.EName, "+")
+	ints := d.hand(api.NField, "1", d.hand(api.NInt, "1"))
+	int2 := d.hand(api.NField, "2", d.hand(api.NInt, "2"))
+	real1 := d.hand(api.NField, "1", d.hand(api.NReal, "1.0"))
+	real2 := d.hand(api.NField, "2", d.hand(api.NReal, "2.0"))
+	one := d.hand(api.EApp, "", plus, d.hand(api.ERecord, "", ints, int2))
+	other := d.hand(api.EApp, "", plus, d.hand(api.ERecord, "", real1, real2))
+	d.handVal(d.hand(api.PName, "it"), d.hand(api.ERecord, "", d.hand(api.NField, "a", one), d.hand(api.NField, "b", other)))
+	if at, e := d.dec(d.root); e != api.OK {
+		t.Fatalf("%v at %d", e, at)
+	}
+	d.is("it", "{a : int, b : real}")
+	if got := d.e.Notes()[plus]; got.Is != api.SPrim || got.Con != api.ConReal {
+		t.Errorf("+: %v: not as it stands last", got)
+	}
+
+	d = newDesk(t)
+	name := d.hand(api.EName, "+") // first the primitive, then a variable
+	bound := d.hand(api.NRule, "", d.hand(api.PName, "+"), name)
+	d.handVal(d.hand(api.PName, "it"), d.hand(api.ERecord, "", d.hand(api.NField, "1", name), d.hand(api.NField, "2", d.hand(api.EFn, "", bound))))
+	if at, e := d.dec(d.root); e != api.OK {
+		t.Fatalf("%v at %d", e, at)
+	}
+	d.is("it", "!(int * int -> int) * ('a -> 'a)")
+	if got := d.e.Notes()[name]; !reflect.DeepEqual(got, api.Note{Is: api.SVar, At: api.Access{Id: 100}}) {
+		t.Errorf("+: %v: not as it stands last", got)
+	}
+
+	d = newDesk(t)
+	dots := d.hand(api.PRecord, "", d.hand(api.NField, "a", d.hand(api.PWild, "")), d.hand(api.PDots, ""))
+	loose := d.hand(api.EFn, "", d.hand(api.NRule, "", dots, d.hand(api.NInt, "1")))
+	fixed := d.hand(api.EApp, "", loose, d.hand(api.ERecord, "", d.hand(api.NField, "a", d.hand(api.NInt, "1"))))
+	d.handVal(d.hand(api.PWild, ""), d.hand(api.ERecord, "", d.hand(api.NField, "1", loose), d.hand(api.NField, "2", fixed)))
+	if at, e := d.dec(d.root); e != api.ErrFields || at != dots {
+		t.Errorf("a record that is open at one of its places: %v at %d", e, at)
+	}
+
+	d = newDesk(t)
+	wide := d.hand(api.EName, "nil")
+	for range 40 { // written out it would be far too large
+		wide = d.hand(api.ERecord, "", d.hand(api.NField, "1", wide), d.hand(api.NField, "2", wide))
+	}
+	d.handVal(d.hand(api.PWild, ""), wide)
+	if _, e := d.dec(d.root); e != api.ErrLong {
+		t.Errorf("a tree of as many nodes, written out, as nobody could write: %v", e)
+	}
+}
+
+// Rule 1: deep trees.
+func TestDeep(t *testing.T) {
+	const depth = 1 << 16
+	d := newDesk(t)
+	e := d.hand(api.NInt, "1")
+	for range depth {
+		e = d.hand(api.ETyped, "", e, d.hand(api.TCon, "int"))
+	}
+	d.handVal(d.hand(api.PName, "it"), e)
+	if at, errno := d.dec(d.root); errno != api.OK {
+		t.Fatalf("%v at %d", errno, at)
+	}
+	d.is("it", "int")
+
+	d = newDesk(t)
+	e = d.hand(api.EName, "x")
+	for range depth / 4 {
+		dec := d.hand(api.DVal, "", d.hand(api.NBind, "", d.hand(api.PName, "x"), e))
+		e = d.hand(api.ELet, "", d.hand(api.NDecs, "", dec), d.hand(api.EName, "x"))
+	}
+	d.handVal(d.hand(api.PName, "it"), d.hand(api.EFn, "", d.hand(api.NRule, "", d.hand(api.PName, "x"), e)))
+	if at, errno := d.dec(d.root); errno != api.OK {
+		t.Fatalf("%v at %d", errno, at)
+	}
+	d.is("it", "!'a -> 'a")
+
+	d = newDesk(t)
+	e = d.hand(api.NInt, "1")
+	for range depth / 4 {
+		e = d.hand(api.EFn, "", d.hand(api.NRule, "", d.hand(api.PWild, ""), e))
+	}
+	d.handVal(d.hand(api.PName, "it"), e)
+	if _, errno := d.dec(d.root); errno != api.ErrLong {
+		t.Errorf("a function of so many arguments: %v", errno)
+	}
+}
+
+// Rule 1: environments that are made by hand.
+func TestStrangeEnvironments(t *testing.T) {
+	text := "val a = x val b = fn c => c val d = fn c e => e exception E = x datatype u = datatype t val f = fn (g : t) => g"
+	for _, is := range []api.Naming{-1, 0, api.SVar, api.SCon, api.SExn, api.SPrim, 5, 1 << 40} {
+		for _, s := range []api.Scheme{{Type: -1}, {Type: 1 << 40}, {Vars: []int{-1}, Type: 0}, {Vars: []int{0}, Type: 0}, {Vars: []int{6, 6}, Type: 6}, {Type: 0}, {Type: 5}} {
+			for _, arg := range []bool{false, true} {
+				d := newDesk(t)
+				e := api.Entry{Name: "x", Is: is, Scheme: s, Con: -9, Tag: -8, Count: -7, Arg: arg}
+				c := e
+				c.Name = "c"
+				d.e.Set(api.Env{Vals: []api.Entry{e, c}, Types: []api.Typ{{Name: "t", Scheme: s, Cons: []api.Entry{e, c}}}, Strs: []api.Str{{Name: "S", Env: api.Env{Vals: []api.Entry{e}}}}})
+				d.begin(text)
+				for _, i := range d.l[d.root].Kids {
+					d.dec(i)
+				}
+				d.play("val y = let open S in x end")
+				d.play("open S")
+			}
+		}
+	}
+}
+
+// P8.2: a constructor that says that it takes something, though its type does not, takes nothing.
+func TestStrangeArgument(t *testing.T) {
+	d := newDesk(t)
+	v := d.e.Env()
+	v.Vals = append(v.Vals, api.Entry{Name: "c", Is: api.SCon, Scheme: d.typ("int").Scheme, Arg: true})
+	d.e.Set(v)
+	askFault(t, d, faults{"val f = fn §c 1 => 1", api.PName, api.ErrPat})
+}
+
+// P8.2: a primitive of a scheme with several variables: the first one with a class is what it stands for; a rigid one that admits equality does so.
+func TestStrangePrimitives(t *testing.T) {
+	d := newDesk(t)
+	b := d.e.Book()
+	x, _ := b.Var(1, false, api.Any)
+	y, _ := b.Var(1, false, api.Num)
+	z, _ := b.Var(1, false, api.Text)
+	r, _ := b.Rigid(1, "''r")
+	record, _ := b.Record([]string{"1", "2", "3", "4"}, x, y, z, r)
+	s := api.Scheme{Vars: []int{x, z, y, r}, Type: record}
+	v := d.e.Env()
+	v.Vals = append(v.Vals, api.Entry{Name: "p", Is: api.SPrim, Scheme: s})
+	d.e.Set(v)
+	d.run("val it = fn () => (p : 'a * real * string * ''b)")
+	if got := d.e.Notes()[d.node(api.EName, "p")]; got.Con != api.ConString || got.Name != "p" {
+		t.Errorf("p: %v", got)
+	}
+	askFault(t, d, faults{"val it = fn () => (§p : 'a * real * string * 'b)", api.ETyped, api.ErrEquality})
+}
