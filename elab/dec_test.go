@@ -75,6 +75,9 @@ func TestTypeDeclarations(t *testing.T) {
 	if got := d.typ("p").Scheme.Vars; d.text(got[0]) != "'a" || d.text(got[1]) != "''a" {
 		t.Errorf("p's variables are not in the order of its TVars: %s, %s", d.text(got[0]), d.text(got[1]))
 	}
+	if look, _ := d.e.Book().Look(d.typ("v").Scheme.Vars[0]); look.Level != 0 {
+		t.Errorf("a variable of the level %d", look.Level)
+	}
 	d.run("val f = fn (x : (int, string) p) => x val g = fn (x : 'a v) => x")
 	d.is("f", "(string * int -> int) -> string * int -> int")
 	d.is("g", "!'a ref -> 'a ref")

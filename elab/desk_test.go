@@ -74,7 +74,7 @@ func (d *desk) start() {
 func (d *desk) dec(i int) (int, api.Errno) {
 	d.t.Helper()
 	line, column, e := d.e.Dec(i)
-	if e == api.OK && (line != 0 || column != 0) || e != api.OK && line > 0 && column != line+1 {
+	if e == api.OK && (line != 0 || column != 0) || e != api.OK && line > 0 && column != line+1 || line == 0 && column != 0 {
 		d.t.Errorf("Dec(%d): the place %d, %d with %v", i, line, column, e)
 	}
 	return line - 1, e

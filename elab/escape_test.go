@@ -67,6 +67,12 @@ func TestEscapeStructures(t *testing.T) {
 	d, _, _ := build()
 	askFault(t, d, faults{"val x = §let datatype d = D in (S.T.wide = D; 1) end", api.ELet, api.ErrEscape})
 	d, _, _ = build()
+	d.run("val x = let datatype d = D in 1 end") // all is looked at once
+	askFault(t, d, faults{"val x = §let datatype d = D in (S.T.wide = D; 1) end", api.ELet, api.ErrEscape})
+	d, _, _ = build()
+	d.run("val x = let datatype d = D in 1 end open S val y = let datatype d = D in 1 end")
+	askFault(t, d, faults{"val x = §let datatype d = D in (T.wide = D; 1) end", api.ELet, api.ErrEscape})
+	d, _, _ = build()
 	d.run("val x = let datatype d = D in (S.T.general = D; 1) end val y = let datatype d = D in (S.T.wide = 1; D = D) end")
 	d.is("y", "bool")
 	d.run("val z = let datatype d = D in (S.T.wide = 2; D = D) end") // it is closed now
@@ -89,4 +95,29 @@ func TestEscapeTwice(t *testing.T) {
 	askFault(t, d, faults{"val f = fn u => (let datatype d = D in 1 end, fn v => §let datatype d = D in (v = D, u) end)", api.ELet, api.ErrEscape})
 	d = played(t, "val f = fn u => (let datatype d = D in 1 end, fn v => let datatype d = D in (v = u, u) end)")
 	d.is("f", "!''a -> int * (''a -> bool * ''a)")
+}
+
+// P8.2: ELet: a type that has become too large is looked at, too.
+func TestEscapeLarge(t *testing.T) {
+	d := newDesk(t)
+	b := d.e.Book()
+	x, _ := b.Var(0, false, api.Any)
+	y, _ := b.Var(0, false, api.Any)
+	wide := x
+	for range 9 {
+		wide, _ = b.Record([]string{"1", "2"}, wide, wide)
+	}
+	deep := y
+	for range 3 {
+		deep, _ = b.Put(d.typ("list").Scheme, deep)
+	}
+	if e := b.Unify(x, deep); e != api.OK {
+		t.Fatal(e)
+	}
+	v := d.e.Env()
+	v.Vals = append(v.Vals, api.Entry{Name: "wide", Is: api.SVar, Scheme: api.Scheme{Type: wide}}, api.Entry{Name: "c", Is: api.SCon, Scheme: api.Scheme{Type: y}, Con: 7, Count: 1})
+	d.e.Set(v)
+	askFault(t, d, faults{"val x = §wide", api.EName, api.ErrLong})
+	d.run("val x = let datatype d = D in 1 end")
+	askFault(t, d, faults{"val x = §let datatype d = D in (c = D; 1) end", api.ELet, api.ErrEscape})
 }

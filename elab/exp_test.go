@@ -168,15 +168,17 @@ func TestStrangeConstants(t *testing.T) {
 		{api.NReal, "", api.ErrReal}, {api.NReal, "1", api.ErrReal}, {api.NReal, "a.0", api.ErrReal},
 	} {
 		d := newDesk(t)
+		wild := d.hand(api.PWild, "")
 		constant := d.hand(c.kind, c.text)
-		d.handVal(d.hand(api.PWild, ""), constant)
+		d.handVal(wild, constant)
 		if at, e := d.dec(d.root); e != c.errno || at != constant {
 			t.Errorf("%d of %q: %v at %d; want %v", c.kind, c.text, e, at, c.errno)
 		}
 		if c.kind == api.NInt {
 			d = newDesk(t)
+			one := d.hand(api.NInt, "1")
 			constant = d.hand(c.kind, c.text)
-			d.handVal(constant, d.hand(api.NInt, "1"))
+			d.handVal(constant, one)
 			if at, e := d.dec(d.root); e != c.errno || at != constant {
 				t.Errorf("the pattern %q: %v at %d; want %v", c.text, e, at, c.errno)
 			}

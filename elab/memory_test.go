@@ -184,9 +184,12 @@ func TestKeptApart(t *testing.T) {
 	if got := d.e.Notes()[0]; got.At.Path[0] != 1 || got.Labels[0] != "a" {
 		t.Errorf("Note: what was handed in is kept: %v", got)
 	}
-	l, root := bareTree(t, "val x = {a = S.y, b = Prim.size}")
+	l, root := bareTree(t, "val x = {a = Prim.size, b = S.y}")
 	before := cloneNodes(l)
 	d.e.Begin(l, root)
+	if share(l, d.e.nodes) {
+		t.Error("Begin: shared memory")
+	}
 	if !reflect.DeepEqual(l, before) {
 		t.Error("Begin: what was handed in is changed")
 	}
@@ -196,7 +199,7 @@ func TestKeptApart(t *testing.T) {
 		clear(l[i].Kids)
 		clear(l[i].Path)
 	}
-	if _, column, e := d.e.Dec(dec); e != api.ErrUnbound || column != 14 {
+	if _, column, e := d.e.Dec(dec); e != api.ErrUnbound || column != 29 {
 		t.Errorf("Begin: what was handed in is kept: %v at %d", e, column)
 	}
 }

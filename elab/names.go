@@ -139,11 +139,8 @@ func (v *environment) put(p piece) {
 	v.strs.put(p.strs)
 }
 
-// str is the structure of a long name, of which there must be at least one part.
+// str is the structure of a long name, which is not empty.
 func (v *environment) str(path []string) (*structure, bool) {
-	if len(path) == 0 {
-		return nil, false
-	}
 	s, ok := v.strs.find(path[0])
 	if !ok {
 		return nil, false

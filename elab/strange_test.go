@@ -213,24 +213,77 @@ func TestStrangeArgument(t *testing.T) {
 	v.Vals = append(v.Vals, api.Entry{Name: "c", Is: api.SCon, Scheme: d.typ("int").Scheme, Arg: true})
 	d.e.Set(v)
 	askFault(t, d, faults{"val f = fn §c 1 => 1", api.PName, api.ErrPat})
+	v.Vals = append(v.Vals, api.Entry{Name: "c", Is: api.SCon, Scheme: d.val("::").Scheme})
+	d.e.Set(v)
+	askFault(t, d, faults{"val f = fn §c (1, nil) => 1", api.PName, api.ErrPat})
+	d.run("val f = fn c => 1")
+	d.is("f", "!('a * 'a list -> 'a list) -> int")
 }
 
-// P8.2: a primitive of a scheme with several variables: the first one with a class is what it stands for; a rigid one that admits equality does so.
-func TestStrangePrimitives(t *testing.T) {
-	d := newDesk(t)
-	b := d.e.Book()
-	x, _ := b.Var(1, false, api.Any)
-	y, _ := b.Var(1, false, api.Num)
-	z, _ := b.Var(1, false, api.Text)
-	r, _ := b.Rigid(1, "''r")
-	record, _ := b.Record([]string{"1", "2", "3", "4"}, x, y, z, r)
-	s := api.Scheme{Vars: []int{x, z, y, r}, Type: record}
-	v := d.e.Env()
-	v.Vals = append(v.Vals, api.Entry{Name: "p", Is: api.SPrim, Scheme: s})
-	d.e.Set(v)
-	d.run("val it = fn () => (p : 'a * real * string * ''b)")
-	if got := d.e.Notes()[d.node(api.EName, "p")]; got.Con != api.ConString || got.Name != "p" {
-		t.Errorf("p: %v", got)
+// P8.2: what the book says of a scheme that is none of its own is told at the name.
+func TestStrangeSchemes(t *testing.T) {
+	for _, is := range []api.Naming{api.SVar, api.SCon, api.SExn, api.SPrim} {
+		for _, arg := range []bool{false, true} {
+			d := newDesk(t)
+			v := d.e.Env()
+			v.Vals = append(v.Vals, api.Entry{Name: "c", Is: is, Scheme: api.Scheme{Type: -1}, Arg: arg})
+			v.Types = append(v.Types, api.Typ{Name: "t", Scheme: api.Scheme{Type: -1}})
+			d.e.Set(v)
+			askFault(t, d, faults{"val f = fn x => §c", api.EName, api.ErrType})
+			askFault(t, d, faults{"val f = fn (x : §t) => x", api.TCon, api.ErrType})
+			if is == api.SCon || is == api.SExn {
+				if arg {
+					askFault(t, d, faults{"val f = fn (1, §c x) => 1", api.PName, api.ErrType})
+				} else {
+					askFault(t, d, faults{"val f = fn (1, §c) => 1", api.PName, api.ErrType})
+				}
+			}
+		}
 	}
-	askFault(t, d, faults{"val it = fn () => (§p : 'a * real * string * 'b)", api.ETyped, api.ErrEquality})
+}
+
+// fill makes a book full, but for a number of types.
+func (d *desk) fill(left int) {
+	d.t.Helper()
+	b := d.e.Book()
+	last, _ := b.Var(0, false, api.Any)
+	for range api.MaxTypes - 1 - last - left {
+		if _, e := b.Var(0, false, api.Any); e != api.OK {
+			d.t.Fatal(e)
+		}
+	}
+}
+
+// P8.2: a book that is full: what it can't make is told at the node for which it would be.
+func TestFullBook(t *testing.T) {
+	for _, f := range []struct {
+		left int
+		faults
+	}{
+		{0, faults{"val x = §{a = 1}", api.ERecord, api.ErrMany}},
+		{0, faults{"val x = §fn _ => 1", api.EFn, api.ErrMany}},
+		{2, faults{"val x = fn §_ => 1", api.PWild, api.ErrMany}},
+		{2, faults{"val x = fn §{...} => 1", api.PRecord, api.ErrMany}},
+		{0, faults{"val x = §op +", api.EName, api.ErrMany}},
+		{1, faults{"val x = §op +", api.EName, api.ErrMany}},
+		{0, faults{"val x = §nil", api.EName, api.ErrMany}},
+		{0, faults{"datatype §t = A", api.NDatbind, api.ErrMany}},
+		{0, faults{"type §'a t = int", api.TVar, api.ErrMany}},
+		{0, faults{"val x = 1 : §int list", api.TCon, api.ErrMany}},
+		{0, faults{"exception E of §int -> int", api.TArrow, api.ErrMany}},
+		{0, faults{"exception §E of int", api.NCon, api.ErrMany}},
+		{0, faults{"val §x = 1", api.PName, api.ErrMany}},
+		{0, faults{"val x = 1 : §'a", api.TVar, api.ErrMany}},
+		{0, faults{"val x = §raise Div", api.ERaise, api.ErrMany}},
+		{0, faults{"val x = §f 1", api.EApp, api.ErrMany}},
+		{1, faults{"val x = §f 1", api.EApp, api.ErrMany}},
+	} {
+		d := played(t, "val f = fn (x : int) => x")
+		d.fill(f.left)
+		env := d.e.Env()
+		askFault(t, d, f.faults)
+		if !reflect.DeepEqual(d.e.Env(), env) {
+			t.Errorf("%q: another environment", f.text)
+		}
+	}
 }

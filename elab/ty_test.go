@@ -131,6 +131,11 @@ func TestTyArguments(t *testing.T) {
 	if _, at, e := d.ty(0, nil, nil); e != api.ErrArg || at != -1 {
 		t.Errorf("ahead of a tree: %v at %d", e, at)
 	}
+	d.root = d.hand(api.TCon, "int")
+	d.start()
+	if _, at, e := d.ty(0, nil, nil); e != api.OK || at != -1 {
+		t.Errorf("a tree of a type: %v at %d", e, at)
+	}
 	d.begin("val f = fn (x : {a : 'a, b : int list} -> unit) => x exception E of int datatype t = datatype list")
 	for i, n := range d.l {
 		_, at, e := d.ty(i, []string{"'a"}, []int{0})

@@ -88,7 +88,7 @@ func (w *walker) noteEntry(node int, e api.Entry) {
 	case api.SExn:
 		w.note(node, api.Note{Is: api.SExn, At: e.At, Arg: e.Arg})
 	case api.SPrim:
-		w.note(node, api.Note{Is: api.SPrim, Name: e.Name, Con: -1})
+		w.note(node, api.Note{Is: api.SPrim, Name: e.Name}) // for which type constructor it stands is known at the end
 	}
 }
 
