@@ -89,6 +89,23 @@ func TestEscapeStructures(t *testing.T) {
 
 // P8.2: ELet: what was left open stays so, though it was looked at once.
 func TestEscapeTwice(t *testing.T) {
+	for _, names := range [][]string{{"wide"}, {"general", "wide"}, {"wide", "general"}} {
+		d := newDesk(t)
+		v := d.e.Env()
+		var inside api.Env
+		for _, name := range names {
+			x, _ := d.e.Book().Var(0, false, api.Any)
+			e := api.Entry{Name: name, Is: api.SVar, Scheme: api.Scheme{Type: x}}
+			if name == "general" {
+				e.Scheme.Vars = []int{x}
+			}
+			inside.Vals = append(inside.Vals, e)
+		}
+		v.Strs = append(v.Strs, api.Str{Name: "S", Env: inside})
+		d.e.Set(v)
+		d.run("val x = let datatype d = D in 1 end")
+		askFault(t, d, faults{"val x = §let datatype d = D in (S.wide = D; 1) end", api.ELet, api.ErrEscape})
+	}
 	d := played(t, "val x = ref nil val y = let datatype d = D in 1 end")
 	askFault(t, d, faults{"val z = §let datatype d = D in (x := [D]; 1) end", api.ELet, api.ErrEscape})
 	d = played(t, "val x = ref nil")

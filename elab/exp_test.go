@@ -185,3 +185,38 @@ func TestStrangeConstants(t *testing.T) {
 		}
 	}
 }
+
+// P8.2: functions that everybody knows.
+func TestFamiliarFunctions(t *testing.T) {
+	d := played(t, `
+datatype 'a option = NONE | SOME of 'a
+exception Empty and Fail of string
+fun f o g = fn x => f (g x)
+fun nil @ m = m | (x :: l) @ m = x :: l @ m
+fun rev l = let fun go (nil, m) = m | go (x :: t, m) = go (t, x :: m) in go (l, nil) end
+fun length l = let fun go (nil, n) = n | go (_ :: t, n) = go (t, n + 1) in go (l, 0) end
+fun nth (x :: _, 0) = x | nth (_ :: l, n) = nth (l, n - 1) | nth (nil, _) = raise Subscript
+fun filter p nil = nil | filter p (x :: l) = if p x then x :: filter p l else filter p l
+fun foldr f b nil = b | foldr f b (x :: l) = f (x, foldr f b l)
+fun find p nil = NONE | find p (x :: l) = if p x then SOME x else find p l
+fun concat nil = nil | concat (x :: l) = x @ concat l
+fun tabulate (n, f) = let fun go i = if i = n then nil else f i :: go (i + 1) in if n < 0 then raise Size else go 0 end
+fun assoc (k, (k', v) :: l) = if k = k' then v else assoc (k, l) | assoc (_, nil) = raise Fail "none"
+fun curry f x y = f (x, y)
+fun uncurry f (x, y) = f x y
+fun fix f x = f (fix f) x
+val sum = foldr (op +) 0
+val compose = foldr (op o) (fn x => x)
+fun update (r, f) = r := f (!r)
+fun valOf (SOME x) = x | valOf NONE = raise Empty
+`)
+	for name, want := range map[string]string{
+		"o": "!!!('a -> 'b) * ('c -> 'a) -> 'c -> 'b", "@": "!'a list * 'a list -> 'a list", "rev": "!'a list -> 'a list", "length": "!'a list -> int",
+		"nth": "!'a list * int -> 'a", "filter": "!('a -> bool) -> 'a list -> 'a list", "foldr": "!!('a * 'b -> 'b) -> 'b -> 'a list -> 'b",
+		"find": "!('a -> bool) -> 'a list -> 'a option", "concat": "!'a list list -> 'a list", "tabulate": "!int * (int -> 'a) -> 'a list",
+		"assoc": "!!''a * (''a * 'b) list -> 'b", "curry": "!!!('a * 'b -> 'c) -> 'a -> 'b -> 'c", "uncurry": "!!!('a -> 'b -> 'c) -> 'a * 'b -> 'c",
+		"fix": "!!(('a -> 'b) -> 'a -> 'b) -> 'a -> 'b", "sum": "int list -> int", "compose": "('a -> 'a) list -> 'a -> 'a", "update": "!'a ref * ('a -> 'a) -> unit", "valOf": "!'a option -> 'a",
+	} {
+		d.is(name, want)
+	}
+}
