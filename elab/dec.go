@@ -33,6 +33,7 @@ func (w *walker) decOpen(i int) {
 		if !ok {
 			w.check(k, api.ErrUnbound)
 		}
+		w.count(k, len(s.Env.Vals)+len(s.Env.Types)+len(s.Env.Strs))
 		w.open(s)
 	}
 }

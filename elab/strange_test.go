@@ -147,6 +147,52 @@ func TestSharedNodes(t *testing.T) {
 	}
 }
 
+// Rule 1: trees that are small, but whose nodes stand at more places than anybody could go over.
+func TestManyPlaces(t *testing.T) {
+	for name, build := range map[string]func(d *desk) int{
+		"handle": func(d *desk) int {
+			e := d.hand(api.NInt, "1")
+			for range 60 {
+				e = d.hand(api.EHandle, "", e, d.hand(api.NRule, "", d.hand(api.PName, "Div"), e))
+			}
+			return d.hand(api.DVal, "", d.hand(api.NBind, "", d.hand(api.PWild, ""), e))
+		},
+		"types": func(d *desk) int {
+			ty := d.hand(api.TCon, "int")
+			for range 60 {
+				ty = d.hand(api.TCon, "phantom", ty, ty)
+			}
+			return d.hand(api.DExn, "", d.hand(api.NCon, "E", ty))
+		},
+		"exceptions": func(d *desk) int {
+			dec := d.hand(api.DExn, "", d.hand(api.NCon, "E"))
+			for range 60 {
+				dec = d.hand(api.DLocal, "", d.hand(api.NDecs, ""), d.hand(api.NDecs, "", dec, dec))
+			}
+			return dec
+		},
+		"open": func(d *desk) int {
+			dec := d.hand(api.DOpen, "", d.hand(api.SName, "Prim"))
+			for range 60 {
+				dec = d.hand(api.DLocal, "", d.hand(api.NDecs, "", dec), d.hand(api.NDecs, "", dec, dec))
+			}
+			return dec
+		},
+	} {
+		d := played(t, "type ('a, 'b) phantom = int")
+		d.l = nil
+		d.root = build(d)
+		d.start()
+		env := d.e.Env()
+		if _, e := d.dec(d.root); e != api.ErrMany {
+			t.Errorf("%s: %v", name, e)
+		}
+		if !reflect.DeepEqual(d.e.Env(), env) {
+			t.Errorf("%s: another environment", name)
+		}
+	}
+}
+
 // Rule 1: deep trees.
 func TestDeep(t *testing.T) {
 	const depth = 1 << 16

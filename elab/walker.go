@@ -11,6 +11,7 @@ type walker struct {
 	*Elab
 	scope
 	ways
+	steps   int
 	bound   *binder  // of the patterns that are gone over
 	cons    []int    // the type constructors that were made, rising
 	prims   []use    // each EName of a primitive, with the type that stands for its variable with a class, or none
