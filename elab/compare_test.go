@@ -55,7 +55,7 @@ func newPair(t testing.TB) *pair {
 		return api.Env{Vals: v.Vals[:first], Types: v.Types[:types], Strs: append(v.Strs, m)}
 	}
 	e.Set(wrap(e.Env()))
-	p.r.env = wrap(p.r.env)
+	p.r.do(func(r *reading) { r.env = wrap(r.env) })
 	return p
 }
 
@@ -69,7 +69,7 @@ func (p *pair) step(text string) (int, []api.Errno) {
 	if e := p.e.Begin(byNumber(l), root); e != api.OK {
 		p.t.Fatalf("%q: Begin: %v", text, e)
 	}
-	p.r.l, p.r.notes = l, map[int]api.Note{}
+	p.r.do(func(r *reading) { r.l, r.notes = l, map[int]api.Note{} })
 	taken := 0
 	var errnos []api.Errno
 	for _, i := range l[root].Kids {
@@ -82,6 +82,7 @@ func (p *pair) step(text string) (int, []api.Errno) {
 			taken++
 		} else {
 			errnos = append(errnos, got)
+			p.cons, p.back = map[int]int{}, map[int]int{} // the second reading has new ones now
 		}
 		p.compare(text)
 	}

@@ -35,7 +35,7 @@ func (w *walker) decData(i int) {
 	for _, d := range group {
 		w.env.addType(w.typOf(d))
 		for _, c := range d.cons {
-			w.env.addVal(c)
+			w.env.addOwn(c)
 		}
 	}
 }

@@ -123,7 +123,7 @@ func (w *walker) decExn(i int) {
 		}
 	}
 	for at, e := range made {
-		w.env.addVal(e)
+		w.env.addOwn(e)
 		w.noteEntry(w.nodes[i].Kids[at], e)
 	}
 }
@@ -142,8 +142,7 @@ func (w *walker) newExn(i int) api.Entry {
 // sameExn is the exception of an NSame: another one's, by a name of its own.
 func (w *walker) sameExn(i int) api.Entry {
 	n := w.nodes[i]
-	of := w.nodes[n.Kids[0]]
-	e, ok := w.env.val(of.Path, of.Text)
+	e, ok := w.named(n.Kids[0])
 	if !ok || e.Is != api.SExn {
 		w.check(n.Kids[0], api.ErrUnbound)
 	}

@@ -6,26 +6,37 @@ import (
 	"kiln/api"
 )
 
-// escapes tells whether a type constructor from a number on stands in a type, or in the type of a value of the environment that had been left open. (One that had not can have none of these, since they were made after it.)
+// escapes tells whether a type constructor from a number on stands in a type, or in the type of a variable of the environment whose type was not known. (Where it was known none of these can stand, since they were made after it.)
 func (w *walker) escapes(from, t int) bool {
-	if w.stands(from, t) {
+	if w.stands(from, t) || w.ownReach(from) {
 		return true
 	}
-	for _, r := range w.env.vals.rows {
-		if v := r.item; !v.closed && w.reaches(from, v.Entry) {
+	turned := slices.ContainsFunc(w.order, func(v int) bool { return w.stands(from, w.copies[v]) })
+	return turned && w.othersReach(from)
+}
+
+// ownReach tells whether it stands in the type of a variable of this declaration.
+func (w *walker) ownReach(from int) bool {
+	for _, r := range w.env.vals.rows[w.start.vals:] {
+		v := r.item
+		if v.own && !v.closed && w.reaches(from, v.Entry) {
 			return true
-		} else if !v.closed {
-			v.closed = w.isClosed(v.Entry)
 		}
-	}
-	for _, r := range w.env.strs.rows {
-		if s := r.item; !s.closed && w.reachesWithin(from, s.Env) {
-			return true
-		} else if !s.closed {
-			s.closed = w.areClosed(s.Env)
-		}
+		v.closed = v.closed || w.isClosed(v.Scheme)
 	}
 	return false
+}
+
+// isClosed tells whether a type has no variable that its scheme has not: then it need not be looked at again.
+func (w *walker) isClosed(s api.Scheme) bool {
+	_, e := w.book.Generalize(s.Type, api.MaxLevel) // of a too large one the variables are not told
+	return e == api.OK && len(w.loose(s)) == 0
+}
+
+// othersReach tells whether it stands in the type of a variable that was there before.
+func (w *walker) othersReach(from int) bool {
+	return slices.ContainsFunc(w.env.vals.rows, func(r row[*value]) bool { return w.reaches(from, r.item.Entry) }) ||
+		slices.ContainsFunc(w.env.strs.rows, func(r row[*structure]) bool { return w.reachesWithin(from, r.item.Env) })
 }
 
 // reaches tells whether a type constructor from a number on stands in a variable's type.
@@ -37,23 +48,6 @@ func (w *walker) reaches(from int, e api.Entry) bool {
 func (w *walker) reachesWithin(from int, v api.Env) bool {
 	return slices.ContainsFunc(v.Vals, func(e api.Entry) bool { return w.reaches(from, e) }) ||
 		slices.ContainsFunc(v.Strs, func(s api.Str) bool { return w.reachesWithin(from, s.Env) })
-}
-
-// isClosed tells whether nothing can become of an entry's type any more: it is no variable's, or its scheme has all variables of it.
-func (w *walker) isClosed(e api.Entry) bool {
-	if e.Is != api.SVar {
-		return true
-	}
-	if _, errno := w.book.Generalize(e.Scheme.Type, api.MaxLevel); errno != api.OK { // of a too large one the variables are not told
-		return false
-	}
-	return !slices.ContainsFunc(w.book.Free(e.Scheme.Type), func(v int) bool { return !slices.Contains(e.Scheme.Vars, v) })
-}
-
-// areClosed tells whether nothing can become of the types in a structure.
-func (w *walker) areClosed(v api.Env) bool {
-	return !slices.ContainsFunc(v.Vals, func(e api.Entry) bool { return !w.isClosed(e) }) &&
-		!slices.ContainsFunc(v.Strs, func(s api.Str) bool { return !w.areClosed(s.Env) })
 }
 
 // stands tells whether a type constructor from a number on stands in a type. It looks at each part once: a type may have become large without end.
@@ -72,6 +66,9 @@ func (w *walker) stands(from, t int) bool {
 			return true
 		}
 		todo = append(todo, part.Args...)
+		if part.Kind == api.YVar {
+			todo = append(todo, w.copied(t)...)
+		}
 	}
 	return false
 }

@@ -5,8 +5,7 @@ import (
 )
 
 func (w *walker) expName(i int) int {
-	n := w.nodes[i]
-	e, ok := w.env.val(n.Path, n.Text)
+	e, ok := w.named(i)
 	if !ok {
 		w.check(i, api.ErrUnbound)
 	}
@@ -86,7 +85,7 @@ func (w *walker) rule(i, from, to int) {
 // addBare puts names into the environment whose types are not general.
 func (w *walker) addBare(names []binding) {
 	for _, b := range names {
-		w.env.addVal(b.entry(api.Scheme{Type: b.t}))
+		w.env.addOwn(b.entry(api.Scheme{Type: b.t}))
 	}
 }
 

@@ -23,6 +23,7 @@ type reading struct {
 	made  []int            // type constructors, in order
 	prims map[int]int
 	recs  map[int]int
+	log   []func(*reading) // what was done without a fault
 }
 
 // wrong is what a reading panics with.
@@ -41,23 +42,36 @@ func (r *reading) must(at int, e api.Errno) {
 	}
 }
 
+// do does something that stays.
+func (r *reading) do(f func(*reading)) {
+	f(r)
+	r.log = append(r.log, f)
+}
+
+// again is a reading of all that was done without a fault: so a refused declaration has left nothing.
+func (r *reading) again() *reading {
+	e := New()
+	fresh := newReading(e.Env(), e.Book())
+	for _, f := range r.log {
+		fresh.do(f)
+	}
+	return fresh
+}
+
 // dec is Dec: the node of the fault.
 func (r *reading) dec(i int) (at int, e api.Errno) {
-	env, next, notes := r.env, r.next, r.notes
-	r.notes = map[int]api.Note{}
-	for k, n := range notes {
-		r.notes[k] = n
-	}
-	r.level, r.tys, r.made, r.prims, r.recs = 0, nil, nil, map[int]int{}, map[int]int{}
 	defer func() {
 		if p := recover(); p != nil {
 			w := p.(wrong)
 			at, e = w.at, w.e
-			r.env, r.next, r.notes = env, next, notes
+			*r = *r.again()
 		}
 	}()
-	r.env = r.declare(i, r.env)
-	r.end()
+	r.do(func(r *reading) {
+		r.level, r.tys, r.made, r.prims, r.recs = 0, nil, nil, map[int]int{}, map[int]int{}
+		r.env = r.declare(i, r.env)
+		r.end()
+	})
 	return -1, api.OK
 }
 

@@ -75,7 +75,8 @@ func each[T, A any](t table[T], tell func(T) A) []A {
 // value is a value's Entry in an environment.
 type value struct {
 	api.Entry
-	closed bool // its type has no variable that its scheme has not
+	own    bool // its type is of the declaration that is gone over
+	closed bool // nothing can become of its type any more
 }
 
 // environment is an api.Env in which names are found fast, and which can be cut back.
@@ -110,6 +111,7 @@ func (v *environment) told() api.Env {
 }
 
 func (v *environment) addVal(e api.Entry)  { v.vals.add(e.Name, &value{Entry: e}) }
+func (v *environment) addOwn(e api.Entry)  { v.vals.add(e.Name, &value{Entry: e, own: true}) }
 func (v *environment) addType(t api.Typ)   { v.types.add(t.Name, t) }
 func (v *environment) addStr(s *structure) { v.strs.add(s.Name, s) }
 
@@ -148,20 +150,21 @@ func (v *environment) str(path []string) (*structure, bool) {
 	return s.within(path[1:])
 }
 
-// val is what a long name stands for as a value.
-func (v *environment) val(path []string, name string) (api.Entry, bool) {
+// val is what a long name stands for as a value, and whether its type is of the declaration that is gone over.
+func (v *environment) val(path []string, name string) (e api.Entry, own, ok bool) {
 	if len(path) > 0 {
 		s, ok := v.str(path)
 		if !ok {
-			return api.Entry{}, false
+			return api.Entry{}, false, false
 		}
-		return s.value(name)
+		e, ok := s.value(name)
+		return e, false, ok
 	}
 	x, ok := v.vals.find(name)
 	if !ok {
-		return api.Entry{}, false
+		return api.Entry{}, false, false
 	}
-	return x.Entry, true
+	return x.Entry, x.own, true
 }
 
 // typ is what a long name stands for as a type.

@@ -58,9 +58,11 @@ func (w *walker) bindOnce(node int) int {
 
 // matched is what the name of a PName stands for, if that is something that can be matched.
 func (w *walker) matched(i int) (api.Entry, bool) {
-	n := w.nodes[i]
-	e, ok := w.env.val(n.Path, n.Text)
-	return e, ok && (e.Is == api.SCon || e.Is == api.SExn)
+	e, _, ok := w.env.val(w.nodes[i].Path, w.nodes[i].Text)
+	if !ok || e.Is != api.SCon && e.Is != api.SExn {
+		return api.Entry{}, false
+	}
+	return w.named(i)
 }
 
 func (w *walker) patName(i int) int {

@@ -9,9 +9,8 @@ import (
 // structure is a structure whose At is where it is, and in which names are found fast.
 type structure struct {
 	api.Str
-	index  *index                // made when it is first asked
-	subs   map[string]*structure // the structures in it that were asked for
-	closed bool                  // no type of a value in it has a variable that its scheme has not
+	index *index                // made when it is first asked
+	subs  map[string]*structure // the structures in it that were asked for
 }
 
 // index is where names stand in a structure: the place in its lists of what counts, and the fields.

@@ -26,7 +26,7 @@ func (w *walker) tyCon(i int) int {
 	for _, k := range n.Kids {
 		args = append(args, w.ty(k))
 	}
-	return w.put(i, typ.Scheme, args)
+	return w.put(i, w.detached(i, typ.Scheme), args)
 }
 
 func (w *walker) tyRec(i int) int { return w.record(i, w.fields(w.nodes[i].Kids, w.ty)) }

@@ -128,7 +128,7 @@ func (w *walker) conclude(binds []bind, isValue func(int) bool) {
 		}
 	}
 	for _, e := range entries {
-		w.env.addVal(e)
+		w.env.addOwn(e)
 	}
 }
 

@@ -11,12 +11,15 @@ type walker struct {
 	*Elab
 	scope
 	ways
+	start   mark // how far the environment went before
 	steps   int
-	bound   *binder  // of the patterns that are gone over
-	cons    []int    // the type constructors that were made, rising
-	prims   []use    // each EName of a primitive, with the type that stands for its variable with a class, or none
-	records []use    // each PRecord, with its type
-	old     []former // what notes were before
+	bound   *binder     // of the patterns that are gone over
+	cons    []int       // the type constructors that were made, rising
+	prims   []use       // each EName of a primitive, with the type that stands for its variable with a class, or none
+	records []use       // each PRecord, with its type
+	old     []former    // what notes were before
+	copies  map[int]int // of variables that were there before: those that stand for them till the end
+	order   []int       // these variables, as they were met
 }
 
 // use is a node with a type that it has at a place: a node may stand at several.
@@ -35,12 +38,12 @@ type fault struct {
 }
 
 func newWalker(e *Elab) *walker {
-	return &walker{Elab: e, scope: ground{}, ways: newWays()}
+	return &walker{Elab: e, start: e.env.mark(), scope: ground{}, ways: newWays(), copies: map[int]int{}}
 }
 
 // try does some work, and answers the place of the fault that ends it, if there is one; then names, notes and numbers are as before.
 func (w *walker) try(work func()) (line, column int, e api.Errno) {
-	before, next := w.env.mark(), w.next
+	next := w.next
 	defer func() {
 		r := recover()
 		if r == nil {
@@ -50,7 +53,7 @@ func (w *walker) try(work func()) (line, column int, e api.Errno) {
 		if !ok {
 			panic(r)
 		}
-		w.env.cut(before)
+		w.env.cut(w.start)
 		w.next = next
 		w.unnote()
 		line, column, e = w.nodes[f.node].Line, w.nodes[f.node].Column, f.errno

@@ -1,0 +1,96 @@
+package elab
+
+import (
+	"slices"
+
+	"kiln/api"
+)
+
+// A declaration that is refused may not turn variables of types that were there before. So others stand for these as long as it is gone over, and both become one when it is taken.
+
+// named is what the name of a node stands for as a value.
+func (w *walker) named(i int) (api.Entry, bool) {
+	e, own, ok := w.env.val(w.nodes[i].Path, w.nodes[i].Text)
+	if ok && !own {
+		e.Scheme = w.detached(i, e.Scheme)
+	}
+	return e, ok
+}
+
+// loose are the variables of a type that its scheme has not.
+func (w *walker) loose(s api.Scheme) []int {
+	return slices.DeleteFunc(w.book.Free(s.Type), func(v int) bool { return slices.Contains(s.Vars, v) })
+}
+
+// detached is a scheme in whose type others stand for its loose variables.
+func (w *walker) detached(node int, s api.Scheme) api.Scheme {
+	if vars := w.loose(s); len(vars) > 0 {
+		s.Type = w.detach(node, s.Type, vars)
+	}
+	return s
+}
+
+// detach is a type in which others stand for some variables.
+func (w *walker) detach(node, t int, vars []int) int {
+	var copies []int
+	for _, v := range vars {
+		copies = append(copies, w.copyOf(node, v))
+	}
+	return w.put(node, api.Scheme{Vars: vars, Type: t}, copies)
+}
+
+// copyOf is the variable that stands for another one.
+func (w *walker) copyOf(node, v int) int {
+	if c, ok := w.copies[v]; ok {
+		return c
+	}
+	is, _ := w.book.Look(v)
+	if is.Rigid != "" { // nothing becomes of it
+		return v
+	}
+	c, e := w.book.Var(is.Level, is.Equal, is.Class)
+	w.check(node, e)
+	if is.Open {
+		w.unify(node, c, w.openCopy(node, is))
+	}
+	w.copies[v], w.order = c, append(w.order, v)
+	return c
+}
+
+// openCopy is a variable for the records that another one is for.
+func (w *walker) openCopy(node int, is api.Type) int {
+	var args []int
+	for _, a := range is.Args {
+		args = append(args, w.detach(node, a, w.book.Free(a)))
+	}
+	c, e := w.book.Open(is.Level, is.Labels, args...)
+	w.check(node, e)
+	return c
+}
+
+// copied is what stands for a type, if that is a variable for which another one stands.
+func (w *walker) copied(t int) []int {
+	if len(w.copies) == 0 {
+		return nil
+	}
+	if free := w.book.Free(t); len(free) > 0 {
+		if c, ok := w.copies[free[0]]; ok {
+			return []int{c}
+		}
+	}
+	return nil
+}
+
+// join makes variables and those that stood for them one: what the declaration put into the environment is as good as what was there before.
+func (w *walker) join(node int) {
+	for _, v := range w.order { // ahead of the first one is turned
+		_, e := w.book.Generalize(w.copies[v], api.MaxLevel)
+		w.check(node, e)
+	}
+	for _, v := range w.order {
+		w.unify(node, v, w.copies[v])
+	}
+	for _, r := range w.env.vals.rows[w.start.vals:] {
+		r.item.own = false
+	}
+}
