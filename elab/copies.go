@@ -24,7 +24,7 @@ func (w *walker) loose(s api.Scheme) []int {
 
 // detached is a scheme in whose type others stand for its loose variables.
 func (w *walker) detached(node int, s api.Scheme) api.Scheme {
-	if vars := w.loose(s); len(vars) > 0 {
+	if vars := w.loose(s); len(vars) > 0 && !w.direct {
 		s.Type = w.detach(node, s.Type, vars)
 	}
 	return s
@@ -81,16 +81,17 @@ func (w *walker) copied(t int) []int {
 	return nil
 }
 
-// join makes variables and those that stood for them one: what the declaration put into the environment is as good as what was there before.
-func (w *walker) join(node int) {
-	for _, v := range w.order { // ahead of the first one is turned
-		_, e := w.book.Generalize(w.copies[v], api.MaxLevel)
-		w.check(node, e)
+// join makes variables and those that stood for them one, or tells that it can't: one of these may have become too large.
+func (w *walker) join() bool {
+	for _, v := range w.order { // ahead of the first one that is turned
+		if _, e := w.book.Generalize(w.copies[v], api.MaxLevel); e != api.OK {
+			return false
+		}
 	}
 	for _, v := range w.order {
-		w.unify(node, v, w.copies[v])
+		if w.book.Unify(v, w.copies[v]) != api.OK {
+			return false
+		}
 	}
-	for _, r := range w.env.vals.rows[w.start.vals:] {
-		r.item.own = false
-	}
+	return true
 }

@@ -2,6 +2,7 @@ package elab
 
 import (
 	"reflect"
+	"strings"
 	"testing"
 
 	"kiln/api"
@@ -152,6 +153,15 @@ func TestStrangeVariables(t *testing.T) {
 			d.is(name, s)
 		}
 	}
+	for _, f := range []faults{
+		{"val x = §rcd : {a : int, b : char}", api.ETyped, api.ErrClass},
+		{"val x = §rcd : {b : int}", api.ETyped, api.ErrFields},
+		{"val x = §sam : {c : int, d : int -> int}", api.ETyped, api.ErrEquality},
+		{"val x = §n : char", api.ETyped, api.ErrClass},
+		{"val x = §rig : int", api.ETyped, api.ErrRigid},
+	} {
+		askFault(t, d, f)
+	}
 	d.run("val x = ((rcd : {a : int, b : real, c : int}), fn C y => y + 1)")
 	d.is("n", "real")
 	d.is("fld", "int")
@@ -175,4 +185,24 @@ func TestManyUses(t *testing.T) {
 	if last > 60000 {
 		t.Errorf("%d types", last)
 	}
+}
+
+// P8.2: a declaration that makes a type that was there too large is taken, too; then nobody can use what has it.
+func TestGrownTypes(t *testing.T) {
+	tuple := func(n int, s string) string { return "(" + strings.Repeat(s+", ", n-1) + s + ")" }
+	d := weak(t)
+	text := "val x = fn y => ((r := [" + tuple(200, "y") + "]; 1), y = " + tuple(20, "1") + ", M.K.w := [1], fn {a, ...} : {a : int} => a)"
+	if at, e := d.play(text); e != api.OK {
+		t.Fatalf("%v at %v", e, d.l[at])
+	}
+	if got := d.val("x").At.Id; got != d.val("q").At.Id+3 { // behind what is bound in x's function
+		t.Errorf("x is at %d; q is at %d", got, d.val("q").At.Id)
+	}
+	d.is("M.K.w", "int list ref")
+	askFault(t, d, faults{"val y = §r", api.EName, api.ErrLong})
+	askFault(t, d, faults{"val y = §q", api.EName, api.ErrLong})
+	if _, e := d.play("val x = fn y => ((s := [" + tuple(200, "y") + "]; 1), y = " + tuple(20, "1") + ", nobody)"); e != api.ErrUnbound {
+		t.Fatal(e)
+	}
+	d.is("s", "'a list ref")
 }

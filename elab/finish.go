@@ -7,6 +7,14 @@ import (
 	"kiln/api"
 )
 
+// whole goes over a declaration, and answers the place of the fault, if there is one.
+func (w *walker) whole(i int) (line, column int, e api.Errno) {
+	return w.try(func() {
+		w.dec(i)
+		w.finish()
+	})
+}
+
 // finish is the end of a declaration: what nothing was said of is settled, and what is known of primitives and records is noted.
 func (w *walker) finish() {
 	for _, u := range byNode(w.prims) {

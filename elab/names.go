@@ -122,6 +122,13 @@ func (v *environment) mark() mark {
 	return mark{len(v.vals.rows), len(v.types.rows), len(v.strs.rows)}
 }
 
+// give makes what stands behind a mark as good as what was there before it.
+func (v *environment) give(m mark) {
+	for _, r := range v.vals.rows[m.vals:] {
+		r.item.own = false
+	}
+}
+
 // piece is what was cut from an environment.
 type piece struct {
 	vals  []row[*value]

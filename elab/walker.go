@@ -11,6 +11,7 @@ type walker struct {
 	*Elab
 	scope
 	ways
+	first   int  // the number that was to be given out next before
 	start   mark // how far the environment went before
 	steps   int
 	bound   *binder     // of the patterns that are gone over
@@ -18,6 +19,7 @@ type walker struct {
 	prims   []use       // each EName of a primitive, with the type that stands for its variable with a class, or none
 	records []use       // each PRecord, with its type
 	old     []former    // what notes were before
+	direct  bool        // variables that were there before are turned themselves
 	copies  map[int]int // of variables that were there before: those that stand for them till the end
 	order   []int       // these variables, as they were met
 }
@@ -38,12 +40,11 @@ type fault struct {
 }
 
 func newWalker(e *Elab) *walker {
-	return &walker{Elab: e, start: e.env.mark(), scope: ground{}, ways: newWays(), copies: map[int]int{}}
+	return &walker{Elab: e, first: e.next, start: e.env.mark(), scope: ground{}, ways: newWays(), copies: map[int]int{}}
 }
 
 // try does some work, and answers the place of the fault that ends it, if there is one; then names, notes and numbers are as before.
 func (w *walker) try(work func()) (line, column int, e api.Errno) {
-	next := w.next
 	defer func() {
 		r := recover()
 		if r == nil {
@@ -53,17 +54,17 @@ func (w *walker) try(work func()) (line, column int, e api.Errno) {
 		if !ok {
 			panic(r)
 		}
-		w.env.cut(w.start)
-		w.next = next
-		w.unnote()
+		w.back()
 		line, column, e = w.nodes[f.node].Line, w.nodes[f.node].Column, f.errno
 	}()
 	work()
 	return 0, 0, api.OK
 }
 
-// unnote makes all notes what they were.
-func (w *walker) unnote() {
+// back makes names, notes and numbers what they were.
+func (w *walker) back() {
+	w.env.cut(w.start)
+	w.next = w.first
 	for _, f := range slices.Backward(w.old) {
 		w.notes[f.node] = f.note
 	}
