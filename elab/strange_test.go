@@ -323,8 +323,10 @@ func TestFullBook(t *testing.T) {
 		{0, faults{"val x = §raise Div", api.ERaise, api.ErrMany}},
 		{0, faults{"val x = §f 1", api.EApp, api.ErrMany}},
 		{1, faults{"val x = §f 1", api.EApp, api.ErrMany}},
+		{0, faults{"val x = {a = §r}", api.EName, api.ErrMany}},
+		{1, faults{"val x = {a = §r}", api.EName, api.ErrMany}},
 	} {
-		d := played(t, "val f = fn (x : int) => x")
+		d := played(t, "val f = fn (x : int) => x val r = ref nil")
 		d.fill(f.left)
 		env := d.e.Env()
 		askFault(t, d, f.faults)
