@@ -226,6 +226,19 @@ func TestTooManyNodes(t *testing.T) {
 	holdValue(t, reading{parts.Match}, l, root, v, &tally{})
 }
 
+// P9.3: trees whose paths nobody could be told are too large, too.
+func TestWords(t *testing.T) {
+	ends := func(g *grower, words int) (early bool) {
+		defer func() { early = recover() != nil }()
+		g.begin(words)
+		return
+	}
+	g := &grower{}
+	if ends(g, mostWords-1) || ends(g, 1) || !ends(g, 1) {
+		t.Errorf("%d words", g.words)
+	}
+}
+
 // P9.3: a field that no row but the first asks for, again and again.
 func TestWideRecords(t *testing.T) {
 	n := 3000

@@ -140,7 +140,55 @@ func TestSharedCover(t *testing.T) {
 	if _, is, e := Missing(m); is || e != api.OK {
 		t.Errorf("mixed: Missing %v, %v", is, e)
 	}
+	if _, is, e := Missing(doubled(60, hData(-1), con(0)).Match); is || e != api.OK {
+		t.Errorf("single constructors: Missing %v, %v", is, e)
+	}
 	covers(t, "large, but not too large", doubled(15, hData(-1, -1), con(0), con(1)).Match, nil, true)
+}
+
+// P9.2: such patterns of which one covers the other, part by part.
+func TestSharedPairs(t *testing.T) {
+	d := newDesk(hInt(), hRec(0, 0))
+	for i := range 60 {
+		d.Shapes = append(d.Shapes, hRec(i+1, i+1))
+	}
+	d.Shape = len(d.Shapes) - 1
+	any, one, two := d.any(), d.int(1), d.int(2)
+	row := func(a, b int) int {
+		p := d.rec(a, b)
+		for range 60 {
+			p = d.rec(p, p)
+		}
+		return p
+	}
+	for name, c := range map[string]struct{ rows, want []int }{
+		"the wider one first": {[]int{row(one, any), row(one, one), row(one, two), row(two, one)}, []int{1, 2}},
+		"the wider one last":  {[]int{row(one, one), row(one, any), row(any, one), row(one, one)}, []int{3}},
+		"both":                {[]int{row(one, any), row(any, one), row(one, one), row(two, two)}, []int{2}},
+	} {
+		if l, e := Redundant(d.with(c.rows...)); e != api.OK || !slices.Equal(l, c.want) {
+			t.Errorf("%s: %v, %v, want %v", name, l, e, c.want)
+		}
+	}
+}
+
+// The least values of shapes: how large they are, and with which constructor.
+func TestLeast(t *testing.T) {
+	shapes := []api.Shape{
+		hInt(), hStr(), hRec(), hExn(0, -1), hRec(0, 0, 2), hData(4, 0, 2), hData(7, -1), hRec(0, 6),
+		hData(4, 5), hRec(8, 8), hData(9, 10, 7), hData(11), hRec(11),
+	}
+	want := []least{{1, 0}, {1, 0}, {1, 0}, {1, 0}, {4, 0}, {2, 1}, {1, 1}, {3, 0}, {3, 1}, {7, 0}, {4, 2}, {}, {}}
+	all := make([]int, len(shapes))
+	for i := range all {
+		all[i] = i
+	}
+	if got := leastOf(shapes, all); !slices.Equal(got, want) {
+		t.Errorf("%v, want %v", got, want)
+	}
+	if got := leastOf(doubled(100, hInt()).Shapes, []int{0, 1, 2, 3, 4, 5})[5]; got.size != 63 {
+		t.Errorf("doubled: %v", got)
+	}
 }
 
 // P9.2: as small a value as there is, where others would be beyond all bounds.

@@ -50,12 +50,12 @@ func isThere(key api.Datum, v *api.Datum) bool {
 
 // reap is what a leaf says of a value.
 func reap(c *api.Choice, v *api.Datum) (int, []api.Bind, bool) {
-	if len(c.Vars) != len(c.Paths) || len(c.Vars) > 0 && isLarge(v) {
+	if len(c.Vars) != len(c.Paths) {
 		return 0, nil, false
 	}
 	at := make([]*api.Datum, len(c.Vars))
 	for i, path := range c.Paths {
-		if at[i] = follow(v, path); at[i] == nil {
+		if at[i] = follow(v, path); at[i] == nil || isLarge(at[i]) {
 			return 0, nil, false
 		}
 	}
