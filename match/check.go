@@ -71,21 +71,44 @@ type patterns struct {
 // rowsHold tells whether all rows are patterns for the shape.
 func rowsHold(m api.Match) bool {
 	w := patterns{pats: m.Pats, shapes: m.Shapes}
-	return w.hold(m.Rows, m.Shape)
+	return argsAreLower(m) && w.hold(m.Rows, m.Shape)
 }
 
-// hold tells whether all rows are patterns for a shape. Each pattern is asked once for each shape, however often it stands in others: those in which it stands come ahead of it, since they have higher numbers.
+// argsAreLower tells whether all rows are there, and the Args of each pattern of which one is made are lower. It is asked apart from the shapes, since it holds of Args, too, of which the pattern's kind makes no use.
+func argsAreLower(m api.Match) bool {
+	met := make([]bool, len(m.Pats))
+	if !meet(met, m.Rows) {
+		return false
+	}
+	for p, x := range slices.Backward(m.Pats) {
+		if met[p] && !meet(met[:p], x.Args) {
+			return false
+		}
+	}
+	return true
+}
+
+// meet notes which patterns are met; false, if one of them is not among those that there are.
+func meet(met []bool, pats []int) bool {
+	for _, p := range pats {
+		if p < 0 || p >= len(met) {
+			return false
+		}
+		met[p] = true
+	}
+	return true
+}
+
+// hold tells whether all rows are patterns for a shape, if their Args are lower. Each pattern is asked once for each shape, however often it stands in others: those in which it stands come ahead of it, since they have higher numbers.
 func (w *patterns) hold(rows []int, shape int) bool {
 	w.wanted = make([][]int, len(w.pats))
 	for _, p := range rows {
-		if !w.want(p, len(w.pats), shape) {
-			return false
-		}
+		w.want(p, shape)
 	}
 	for p, l := range slices.Backward(w.wanted) {
 		slices.Sort(l)
 		l = slices.Compact(l)
-		if slices.ContainsFunc(l, func(s int) bool { return !w.isFor(p, s) }) {
+		if slices.ContainsFunc(l, func(s int) bool { return !w.isFor(w.pats[p], s) }) {
 			return false
 		}
 		w.wanted[p] = nil
@@ -96,59 +119,50 @@ func (w *patterns) hold(rows []int, shape int) bool {
 	return true
 }
 
-// want asks that a pattern is there, with a number below another one, and is one for a shape.
-func (w *patterns) want(p, below, shape int) bool {
-	if p < 0 || p >= below {
-		return false
-	}
+// want asks that a pattern is one for a shape.
+func (w *patterns) want(p, shape int) {
 	l := w.wanted[p]
 	if len(l) == 0 || l[len(l)-1] != shape {
 		w.wanted[p] = append(l, shape)
 	}
-	return true
 }
 
 // isFor tells whether a pattern is one for a shape, if its parts are what is then wanted of them.
-func (w *patterns) isFor(p, shape int) bool {
-	x, h := w.pats[p], w.shapes[shape]
+func (w *patterns) isFor(x api.Pat, shape int) bool {
+	h := w.shapes[shape]
 	switch x.Kind {
 	case api.QAny:
 		return true
 	case api.QBind:
-		return len(x.Args) == 0 || len(x.Args) == 1 && w.want(x.Args[0], p, shape)
+		return len(x.Args) == 0 || w.wantAll(x.Args, []int{shape})
 	case api.QInt:
 		return h.Kind == api.HInt && len(x.Args) == 0
 	case api.QStr:
 		return h.Kind == api.HStr && len(x.Args) == 0
 	case api.QRec:
-		return h.Kind == api.HRec && w.wantAll(x.Args, p, h.Args)
+		return h.Kind == api.HRec && w.wantAll(x.Args, h.Args)
 	case api.QCon:
-		return h.Kind == api.HData && w.wantArg(p, h)
+		return h.Kind == api.HData && w.wantArg(x, h)
 	case api.QExn:
-		return h.Kind == api.HExn && w.wantArg(p, h)
+		return h.Kind == api.HExn && w.wantArg(x, h)
 	}
 	return false
 }
 
-func (w *patterns) wantAll(args []int, below int, shapes []int) bool {
-	if len(args) != len(shapes) {
+// wantAll asks that patterns are ones for as many shapes, each for its own.
+func (w *patterns) wantAll(pats, shapes []int) bool {
+	if len(pats) != len(shapes) {
 		return false
 	}
-	for i, a := range args {
-		if !w.want(a, below, shapes[i]) {
-			return false
-		}
+	for i, p := range pats {
+		w.want(p, shapes[i])
 	}
 	return true
 }
 
 // wantArg asks that a constructor is one of the shape, with an argument, if it has one there.
-func (w *patterns) wantArg(p int, h api.Shape) bool {
-	x := w.pats[p]
-	if x.N < 0 || x.N >= len(h.Args) {
-		return false
-	}
-	return w.wantAll(x.Args, p, argShape(h, x.N))
+func (w *patterns) wantArg(x api.Pat, h api.Shape) bool {
+	return x.N >= 0 && x.N < len(h.Args) && w.wantAll(x.Args, argShape(h, x.N))
 }
 
 // argShape is the shape of a constructor's argument; none, if it has no argument.

@@ -1,6 +1,7 @@
 package match
 
 import (
+	"math"
 	"slices"
 	"testing"
 
@@ -161,7 +162,9 @@ func TestPatternsForShapes(t *testing.T) {
 		"con of itself":            {d.con(1, len(d.Pats)), nil},
 		"a record of no patterns":  {d.rec(-1, -1), nil},
 		"con of no pattern":        {d.con(1, -1), nil},
-		"any, with all fields":     {d.put(api.Pat{Kind: api.QAny, N: 7, Int: 8, Text: "x", Args: []int{num, 99, -1}}), all},
+		"any, with all fields":     {d.put(api.Pat{Kind: api.QAny, N: 7, Int: 8, Text: "x", Args: []int{num, txt, num}}), all},
+		"any of itself":            {d.any(len(d.Pats)), nil},
+		"any of no pattern":        {d.any(num, -1), nil},
 		"an int, with all fields":  {d.put(api.Pat{Kind: api.QInt, N: -7, Text: "x"}), []int{0}},
 		"a record, with a number":  {d.put(api.Pat{Kind: api.QRec, N: 12, Int: 3, Text: "x"}), []int{3}},
 	} {
@@ -216,12 +219,89 @@ func TestOtherPatterns(t *testing.T) {
 	}
 }
 
+// P9.1: a pattern for all values, too, has no Arg that is not lower, wherever a row is made of it.
+func TestArgsOfAny(t *testing.T) {
+	for name, args := range map[string]func(self int) []int{
+		"itself":             func(self int) []int { return []int{self} },
+		"the next one":       func(self int) []int { return []int{self + 1} },
+		"below 0":            func(int) []int { return []int{-1} },
+		"far below 0":        func(int) []int { return []int{math.MinInt} },
+		"behind all":         func(int) []int { return []int{math.MaxInt} },
+		"behind a lower one": func(self int) []int { return []int{0, self} },
+		"ahead of a lower":   func(self int) []int { return []int{self, 0} },
+	} {
+		d := newDesk(hRec(1, 2), hData(-1, 2), hExn(0, 3), hInt())
+		all := d.any()
+		self := len(d.Pats)
+		bad := d.any(args(self)...)
+		v := wRec(wCon(0), wExn(2))
+		if e := Check(d.with(all)); e != api.OK || !Fits(d.with(all), v) {
+			t.Errorf("%s, of no row: %v, or %s does not fit", name, e, show(v))
+		}
+		for where, p := range map[string]int{
+			"a row":                  bad,
+			"in a variable":          d.bind(1, bad),
+			"in a field":             d.rec(all, bad),
+			"in a constructor":       d.rec(d.con(1, bad), all),
+			"in an exception":        d.rec(all, d.exn(1, bad)),
+			"in what stands for all": d.any(all, bad),
+			"far down":               d.bind(1, d.rec(all, d.exn(0, d.rec(d.con(1, d.any(d.bind(2, bad))), all)))),
+		} {
+			for _, m := range []api.Match{d.with(p), d.with(all, p), d.with(p, all)} {
+				refuses(t, name+", "+where, m, api.ErrPattern)
+				if _, _, ok := First(m, v); ok || Fits(m, v) {
+					t.Errorf("%s, %s: %s fits, or has a first row", name, where, show(v))
+				}
+			}
+		}
+	}
+}
+
+// P9.1: below a pattern for all values, as in others, each Arg is lower; that is all that is asked there.
+func TestBelowAny(t *testing.T) {
+	d := newDesk(hInt())
+	for name, x := range map[string]api.Pat{
+		"a variable":    {Kind: api.QBind, Args: []int{9}},
+		"a record":      {Kind: api.QRec, Args: []int{-1}},
+		"an int":        {Kind: api.QInt, Args: []int{9}},
+		"no kind":       {Args: []int{9}},
+		"a constructor": {Kind: api.QCon, Args: []int{0}},
+	} {
+		m := newDesk(hInt())
+		refuses(t, name, m.rows(m.any(m.put(x))), api.ErrPattern)
+	}
+	name := d.bind(5)
+	one := d.int(1)
+	odd := d.put(api.Pat{Kind: 77, Args: []int{one, name}})
+	m := d.rows(one, d.any(name, one, d.str("x"), d.con(4), odd, d.rec(name, odd)), d.any())
+	if e := Check(m); e != api.OK {
+		t.Fatalf("%v", e)
+	}
+	for n, row := range map[int64]int{1: 0, 2: 1} {
+		if i, b, ok := First(m, wInt(n)); i != row || b != nil || !ok {
+			t.Errorf("First of %d: %d, %s, %v", n, i, showBinds(b), ok)
+		}
+	}
+	if l, e := Redundant(m); !slices.Equal(l, []int{2}) || e != api.OK {
+		t.Errorf("Redundant: %v, %v", l, e)
+	}
+	if v, is, e := Missing(m); is || e != api.OK {
+		t.Errorf("Missing: %s, %v, %v", show(v), is, e)
+	}
+	if l, root, e := Compile(m); e != api.OK {
+		t.Errorf("Compile: %v", e)
+	} else if i, b, ok := Run(l, root, wInt(2)); i != 1 || len(b) != 0 || !ok {
+		t.Errorf("Run: %d, %s, %v", i, showBinds(b), ok)
+	}
+}
+
 // P9.1: of two errors the first one.
 func TestErrorsInOrder(t *testing.T) {
 	d := newDesk(hInt(), hData(1))
 	refuses(t, "a row that is none", d.with(7), api.ErrPattern)
 	d.Shape = 1
 	refuses(t, "a shape without values, and a row that is none", d.with(7), api.ErrShapes)
+	refuses(t, "a shape without values, and a row of itself", d.with(d.any(0)), api.ErrShapes)
 	many := newDesk(hInt())
 	many.Shapes = slices.Repeat(many.Shapes, api.MaxNodes)
 	many.Pats = make([]api.Pat, api.MaxNodes)
@@ -242,6 +322,8 @@ func TestErrorsInOrder(t *testing.T) {
 	refuses(t, "a pattern more", pats, api.ErrMany)
 	pats.Rows = []int{0}
 	refuses(t, "a pattern more, and a bad row", pats, api.ErrPattern)
+	pats.Pats[0] = api.Pat{Kind: api.QAny, Args: []int{0}}
+	refuses(t, "a pattern more, and one for all values of itself", pats, api.ErrPattern)
 	shapes.Rows = []int{-1}
 	refuses(t, "a shape more, and a bad row", shapes, api.ErrPattern)
 	pats.Shapes = append(slices.Clip(pats.Shapes), hData())

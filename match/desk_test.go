@@ -45,7 +45,7 @@ func (d *desk) put(p api.Pat) int {
 	return len(d.Pats) - 1
 }
 
-func (d *desk) any() int                    { return d.put(api.Pat{Kind: api.QAny}) }
+func (d *desk) any(args ...int) int         { return d.put(api.Pat{Kind: api.QAny, Args: args}) }
 func (d *desk) bind(n int, args ...int) int { return d.put(api.Pat{Kind: api.QBind, N: n, Args: args}) }
 func (d *desk) int(n int64) int             { return d.put(api.Pat{Kind: api.QInt, Int: n}) }
 func (d *desk) str(s string) int            { return d.put(api.Pat{Kind: api.QStr, Text: s}) }

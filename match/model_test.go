@@ -74,11 +74,13 @@ func (r reading) from(s int, met []int) []int {
 	return met
 }
 
-// isFor tells whether p is a pattern for a shape; below is a number that it must be lower than.
-func (r reading) isFor(p, below, shape int) bool {
-	if p < 0 || p >= below || p >= len(r.Pats) {
-		return false
-	}
+// lower tells whether p is lower than a number, and so is each Arg of what it is made of than what has it.
+func (r reading) lower(p, below int) bool {
+	return p >= 0 && p < below && !slices.ContainsFunc(r.Pats[p].Args, func(a int) bool { return !r.lower(a, p) })
+}
+
+// isFor tells whether p is a pattern for a shape, if its Args are lower.
+func (r reading) isFor(p, shape int) bool {
 	x, h := r.Pats[p], r.Shapes[shape]
 	one := func(args []int) bool {
 		if x.N < 0 || x.N >= len(args) {
@@ -87,13 +89,13 @@ func (r reading) isFor(p, below, shape int) bool {
 		if args[x.N] == -1 {
 			return len(x.Args) == 0
 		}
-		return len(x.Args) == 1 && r.isFor(x.Args[0], p, args[x.N])
+		return len(x.Args) == 1 && r.isFor(x.Args[0], args[x.N])
 	}
 	switch x.Kind {
 	case api.QAny:
 		return true
 	case api.QBind:
-		return len(x.Args) == 0 || len(x.Args) == 1 && r.isFor(x.Args[0], p, shape)
+		return len(x.Args) == 0 || len(x.Args) == 1 && r.isFor(x.Args[0], shape)
 	case api.QInt:
 		return h.Kind == api.HInt && len(x.Args) == 0
 	case api.QStr:
@@ -103,7 +105,7 @@ func (r reading) isFor(p, below, shape int) bool {
 			return false
 		}
 		for i, a := range x.Args {
-			if !r.isFor(a, p, h.Args[i]) {
+			if !r.isFor(a, h.Args[i]) {
 				return false
 			}
 		}
@@ -121,7 +123,7 @@ func (r reading) check() api.Errno {
 		return api.ErrShapes
 	}
 	for _, p := range r.Rows {
-		if !r.isFor(p, len(r.Pats), r.Shape) {
+		if !r.lower(p, len(r.Pats)) || !r.isFor(p, r.Shape) {
 			return api.ErrPattern
 		}
 	}

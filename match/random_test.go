@@ -92,7 +92,7 @@ func (k *maker) fresh(shape, depth int, have map[int][]int) int {
 	h := k.d.Shapes[shape]
 	switch {
 	case depth == 0 || !k.tame && k.chance(5) || k.tame && shape != 0 && k.chance(3):
-		return k.d.any()
+		return k.any()
 	case !k.tame && k.chance(7):
 		return k.d.bind(k.pick(9) - 2)
 	case k.chance(8):
@@ -111,7 +111,7 @@ func (k *maker) fresh(shape, depth int, have map[int][]int) int {
 		return k.d.rec(args...)
 	}
 	if len(h.Args) == 0 {
-		return k.d.any()
+		return k.any()
 	}
 	n := k.pick(len(h.Args))
 	var args []int
@@ -122,6 +122,15 @@ func (k *maker) fresh(shape, depth int, have map[int][]int) int {
 		return k.d.exn(n, args...)
 	}
 	return k.d.con(n, args...)
+}
+
+// any is a pattern for all values, perhaps with Args, which say nothing of these.
+func (k *maker) any() int {
+	var args []int
+	for n := len(k.d.Pats); n > 0 && len(args) < 3 && k.chance(5); {
+		args = append(args, k.pick(n))
+	}
+	return k.d.any(args...)
 }
 
 // spoil turns a number somewhere.
