@@ -122,3 +122,52 @@ func TestUnknownTypesInBodies(t *testing.T) {
 	d := played(t, "functor F (X : sig end) = struct val r = ref nil end structure P = F (struct end) structure Q = F (struct end) val _ = P.r := [1]")
 	d.is("P.r", "int list ref", "Q.r", "int list ref")
 }
+
+// A program as people write them.
+func TestSets(t *testing.T) {
+	d := played(t, `
+datatype order = LESS | EQUAL | GREATER
+fun nil @ m = m | (x :: l) @ m = x :: l @ m
+signature ORD = sig type t val compare : t * t -> order end
+signature SET = sig
+  type elem
+  type set
+  exception Empty
+  val empty : set
+  val add : elem * set -> set
+  val member : elem * set -> bool
+  val least : set -> elem
+  val list : set -> elem list
+end
+functor Set (X : ORD) :> SET where type elem = X.t = struct
+  type elem = X.t
+  datatype set = E | T of set * elem * set
+  exception Empty
+  val empty = E
+  fun add (x, E) = T (E, x, E)
+    | add (x, t as T (l, y, r)) = case X.compare (x, y) of LESS => T (add (x, l), y, r) | GREATER => T (l, y, add (x, r)) | EQUAL => t
+  fun member (x, E) = false
+    | member (x, T (l, y, r)) = case X.compare (x, y) of LESS => member (x, l) | GREATER => member (x, r) | EQUAL => true
+  fun least E = raise Empty | least (T (E, x, _)) = x | least (T (l, _, _)) = least l
+  fun list E = nil | list (T (l, x, r)) = list l @ x :: list r
+end
+functor Pairs (X : sig structure A : ORD structure B : ORD end) = struct
+  type t = X.A.t * X.B.t
+  fun compare ((a, b), (c, d)) = case X.A.compare (a, c) of EQUAL => X.B.compare (b, d) | other => other
+end
+structure Ints = struct type t = int fun compare (a : int, b) = if a < b then LESS else if a = b then EQUAL else GREATER end
+structure Texts = struct type t = string fun compare (a : string, b) = if a < b then LESS else if a = b then EQUAL else GREATER end
+structure IntSet = Set (Ints)
+structure PairSet = Set (Pairs (struct structure A = Ints structure B = Texts end))
+val s = IntSet.add (3, IntSet.empty)
+val l = IntSet.list s
+val p = PairSet.add ((1, "a"), PairSet.empty)
+val x = PairSet.least p handle PairSet.Empty => (0, "")
+`)
+	d.is("s", "set", "l", "int list", "x", "int * string", "PairSet.member", "(int * string) * set -> bool")
+	for text, want := range map[string]api.Errno{"val y = IntSet.list p": api.ErrUnify, "val y = IntSet.add (true, s)": api.ErrUnify, "val y = s = s": api.ErrEquality, "val y = IntSet.E": api.ErrUnbound, "structure Q = Set (struct type t = int end)": api.ErrMissing} {
+		if _, e := d.play(text); e != want {
+			t.Errorf("%q: %v; want %v", text, e, want)
+		}
+	}
+}

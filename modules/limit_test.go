@@ -150,25 +150,20 @@ func TestHeavyDeclarations(t *testing.T) {
 			t.Errorf("%d levels: %v; want %v", levels, e, want)
 		}
 	}
-	l := heavy(16)
-	for range 12 {
-		n := len(l)
-		l = append(l, api.Node{Kind: api.DLocal, Kids: []int{n - 1, n - 1}}, api.Node{Kind: api.NDecs, Kids: []int{n, n}})
-	}
-	if _, _, e := New().Program(l, len(l)-1); e != api.ErrMany {
-		t.Errorf("a heavy one at many places: %v", e)
-	}
-	// A type in a signature likewise: of so many arrows it is too large, so one with arguments that play no part.
-	l = []api.Node{{Kind: api.TCon, Text: "int"}}
+	// Types at many places, of which the book keeps nothing: in declarations, and in a signature.
+	first := []api.Node{{Kind: api.TCon, Text: "int"}}
 	for range 16 {
-		n := len(l)
-		l = append(l, api.Node{Kind: api.TCon, Text: "first", Kids: []int{n - 1, n - 1}})
+		n := len(first)
+		first = append(first, api.Node{Kind: api.TCon, Text: "first", Kids: []int{n - 1, n - 1}})
 	}
-	n := len(l)
-	l = append(l, api.Node{Kind: api.NCon, Text: "x", Kids: []int{n - 1}}, api.Node{Kind: api.XVal, Kids: slices.Repeat([]int{n}, 1000)}, api.Node{Kind: api.GSig, Kids: []int{n + 1}}, api.Node{Kind: api.NSig, Text: "G", Kids: []int{n + 2}}, api.Node{Kind: api.DSig, Kids: []int{n + 3}}, api.Node{Kind: api.NDecs, Kids: []int{n + 4}})
-	d := played(t, "type ('a, 'b) first = 'a")
-	if _, _, e := d.m.Program(l, len(l)-1); e != api.ErrMany {
-		t.Errorf("a heavy type at many places: %v", e)
+	n := len(first)
+	l := append(first[:n:n], api.Node{Kind: api.NInt, Text: "1"}, api.Node{Kind: api.ETyped, Kids: []int{n, n - 1}}, api.Node{Kind: api.PWild}, api.Node{Kind: api.NBind, Kids: []int{n + 2, n + 1}}, api.Node{Kind: api.DVal, Kids: []int{n + 3}}, api.Node{Kind: api.NDecs, Kids: slices.Repeat([]int{n + 4}, 3000)})
+	sig := append(first[:n:n], api.Node{Kind: api.NCon, Text: "x", Kids: []int{n - 1}}, api.Node{Kind: api.XVal, Kids: slices.Repeat([]int{n}, 3000)}, api.Node{Kind: api.GSig, Kids: []int{n + 1}}, api.Node{Kind: api.NSig, Text: "G", Kids: []int{n + 2}}, api.Node{Kind: api.DSig, Kids: []int{n + 3}}, api.Node{Kind: api.NDecs, Kids: []int{n + 4}})
+	for _, l := range [][]api.Node{l, sig} {
+		d := played(t, "type ('a, 'b) first = 'a")
+		if _, _, e := d.m.Program(l, len(l)-1); e != api.ErrMany {
+			t.Errorf("a heavy type at many places: %v", e)
+		}
 	}
 }
 

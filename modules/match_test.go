@@ -1,9 +1,13 @@
 package modules
 
 import (
+	"math/rand"
+	"slices"
+	"strings"
 	"testing"
 
 	"kiln/api"
+	"kiln/elab"
 )
 
 // holds are structures with signatures, and what is wrong with them, if something is.
@@ -335,4 +339,98 @@ func TestMatchingTurnsNothing(t *testing.T) {
 	d.is("A.r", "'a list ref", "B.r", "int list ref")
 	d.run("val _ = A.r := [true]")
 	d.is("A.r", "bool list ref")
+}
+
+// P10.3, at random: of programs that are taken with opaque ascriptions.
+func TestOpaqueAtRandom(t *testing.T) {
+	rounds, taken := 1500, 0
+	if testing.Short() {
+		rounds = 300
+	}
+	for seed := range rounds {
+		s := &scribe{Rand: rand.New(rand.NewSource(int64(seed)))}
+		text := s.program()
+		l, root, ok := tryTree(text)
+		if !ok || !strings.Contains(text, ":>") {
+			continue
+		}
+		one, other := newDesk(t), newDesk(t)
+		if _, _, e := one.m.Program(l, root); e != api.OK {
+			continue
+		}
+		taken++
+		for i, n := range l {
+			if n.Kind == api.SOpaque {
+				l[i].Kind = api.STrans
+			}
+		}
+		if line, column, e := other.m.Program(l, root); e != api.OK {
+			t.Fatalf("%q: %v at %d, %d, but opaque it is taken", text, e, line, column)
+		}
+		if one.names() != other.names() {
+			t.Fatalf("%q: %s; with transparent ones %s", text, one.names(), other.names())
+		}
+		for i, v := range one.env().Vals {
+			w := other.env().Vals[i]
+			if v.Is != w.Is || !sameAt(v.At, w.At) || v.Tag != w.Tag || v.Count != w.Count || v.Arg != w.Arg || len(v.Scheme.Vars) != len(w.Scheme.Vars) {
+				t.Fatalf("%q: %v; with transparent ones %v", text, v, w)
+			}
+		}
+		others := other.m.Elab().Notes()
+		for i, n := range one.m.Elab().Notes() {
+			if m := others[i]; n.Is != m.Is || n.Name != m.Name || !sameAt(n.At, m.At) || n.Tag != m.Tag || n.Count != m.Count || n.Arg != m.Arg || !slices.Equal(n.Labels, m.Labels) {
+				t.Fatalf("%q: the node %d: %v; with transparent ones %v", text, i, n, m)
+			}
+		}
+		for i := range l {
+			if a, b := one.m.Parts(i), other.m.Parts(i); !alike(a, b) {
+				t.Fatalf("%q: the parts of %d: %v; with transparent ones %v", text, i, a, b)
+			}
+		}
+	}
+	if taken < rounds/60 {
+		t.Errorf("only %d programs were taken", taken)
+	}
+}
+
+// alike tells whether two lists of parts are the same but for types.
+func alike(a, b []api.Part) bool {
+	return slices.EqualFunc(a, b, func(p, q api.Part) bool {
+		return p.From.Name == q.From.Name && p.From.Is == q.From.Is && sameAt(p.From.At, q.From.At) && p.Exn == q.Exn && p.Str == q.Str && alike(p.Sub, q.Sub)
+	})
+}
+
+// P10.5 at random: parts are as many as Slots has names, and what is there has the name.
+func TestPartsAtRandom(t *testing.T) {
+	for seed := range 300 {
+		s := &scribe{Rand: rand.New(rand.NewSource(int64(seed)))}
+		text := s.program()
+		l, root, ok := tryTree(text)
+		if !ok {
+			continue
+		}
+		d := newDesk(t)
+		d.l, d.root = l, root
+		if _, e := d.start(); e != api.OK {
+			continue
+		}
+		for _, i := range d.nodes(api.NStr) {
+			name, made := d.l[i].Text, d.l[i].Kids[0]
+			str, ok := elab.FindStr(d.env(), []string{name})
+			kind := d.l[made].Kind
+			if !ok || !sameAt(d.note(i).At, str.At) || kind != api.SStruct && kind != api.STrans && kind != api.SOpaque {
+				continue
+			}
+			values, structures := elab.Slots(str.Env)
+			parts := d.m.Parts(made)
+			if len(parts) != len(values)+len(structures) {
+				t.Fatalf("%q: %d parts of %s with %v and %v", text, len(parts), name, values, structures)
+			}
+			for k, field := range append(values, structures...) {
+				if parts[k].From.Name != field || parts[k].Str != (k >= len(values)) {
+					t.Fatalf("%q: the part %d of %s is %v; want %s", text, k, name, parts[k], field)
+				}
+			}
+		}
+	}
 }
