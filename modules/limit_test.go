@@ -183,30 +183,26 @@ func TestSharedNodes(t *testing.T) {
 	d.is("z", "bool * int * int", "S.z", "{a : bool, b : int, c : int}")
 }
 
+// enough is room for as many as are asked for.
+const enough = -1
+
 // full is a checker after a program, whose book has room for so many types, and type constructors, more.
 func full(t *testing.T, types, cons int) *desk {
 	d := played(t, rich)
 	b := d.m.Elab().Book()
-	low, high := 0, api.MaxTypes // how many constructors there are
-	for low < high {
-		if _, _, _, ok := b.Named((low + high) / 2); ok {
-			low = (low+high)/2 + 1
-		} else {
-			high = (low + high) / 2
-		}
-	}
-	for range api.MaxTypes - cons - low {
-		if _, e := b.Con("full", 0, api.If); e != api.OK {
+	for made := 0; cons != enough && made < api.MaxTypes-cons-1; {
+		con, e := b.Con("full", 0, api.If)
+		if e != api.OK {
 			t.Fatal(e)
 		}
+		made = con
 	}
-	last := 0
-	for last < api.MaxTypes-types-1 {
+	for made := 0; types != enough && made < api.MaxTypes-types-1; {
 		v, e := b.Var(0, false, api.Any)
 		if e != api.OK {
 			t.Fatal(e)
 		}
-		last = v
+		made = v
 	}
 	return d
 }
@@ -222,24 +218,24 @@ func TestFullBook(t *testing.T) {
 		kind        api.NodeKind
 	}
 	for _, c := range []less{
-		{"signature H = sig type t end", 0, 9, api.NCon},
-		{"signature H = sig type t end", 9, 0, api.NCon},
-		{"signature H = sig eqtype 'a t end", 9, 0, api.NCon},
-		{"signature H = sig type 'a t end", 0, 9, api.TVar},
-		{"signature H = sig type 'a t end", 1, 9, api.NCon},
-		{"signature H = sig val x : 'a end", 0, 9, api.TVar},
-		{"signature H = sig exception E end", 0, 9, api.NCon},
-		{"signature H = sig exception E of int end", 1, 9, api.NCon},
-		{"signature H = sig datatype d = D end", 9, 0, api.NDatbind},
-		{"signature H = G", 9, 0, api.GName},
-		{"signature H = G", 0, 9, api.GName},
-		{"signature H = G", 2, 9, api.GName},
-		{"signature H = G", 5, 9, api.GName},
-		{"structure Z :> G = A", 99, 3, api.SOpaque},
-		{"structure Z :> G = A", 99, 5, api.SOpaque},
-		{"structure Z : G = A", 99, 2, api.GName},
-		{"structure Z = F (A)", 99, 0, api.SApp},
-		{"structure Z = F (A)", 0, 9, api.SApp},
+		{"signature H = sig type t end", 0, enough, api.NCon},
+		{"signature H = sig type t end", enough, 0, api.NCon},
+		{"signature H = sig eqtype 'a t end", enough, 0, api.NCon},
+		{"signature H = sig type 'a t end", 0, enough, api.TVar},
+		{"signature H = sig type 'a t end", 1, enough, api.NCon},
+		{"signature H = sig val x : 'a end", 0, enough, api.TVar},
+		{"signature H = sig exception E end", 0, enough, api.NCon},
+		{"signature H = sig exception E of int end", 1, enough, api.NCon},
+		{"signature H = sig datatype d = D end", enough, 0, api.NDatbind},
+		{"signature H = G", enough, 0, api.GName},
+		{"signature H = G", 0, enough, api.GName},
+		{"signature H = G", 2, enough, api.GName},
+		{"signature H = G", 5, enough, api.GName},
+		{"structure Z :> G = A", enough, 3, api.SOpaque},
+		{"structure Z :> G = A", enough, 5, api.SOpaque},
+		{"structure Z : G = A", enough, 2, api.GName},
+		{"structure Z = F (A)", enough, 0, api.SApp},
+		{"structure Z = F (A)", 0, enough, api.SApp},
 	} {
 		d := full(t, c.types, c.cons)
 		before := d.names()
@@ -251,7 +247,7 @@ func TestFullBook(t *testing.T) {
 			t.Errorf("%q: %s", c.text, d.names())
 		}
 	}
-	d := full(t, 200, 6)
+	d := full(t, enough, 6)
 	d.run("structure Z :> G = A")
 	d.is("Z.S.y", "'a s")
 }
