@@ -1,6 +1,7 @@
 package modules
 
 import (
+	"math/rand"
 	"reflect"
 	"slices"
 	"strings"
@@ -318,5 +319,72 @@ func TestLooseTypes(t *testing.T) {
 		if at, e := d.play("structure A = S : " + text); e != want {
 			t.Errorf("%s: %v at %d; want %v", text, e, at, want)
 		}
+	}
+}
+
+// garbage is an environment at random: numbers that may be no types, kinds that are none, names twice.
+func (s *scribe) garbage(depth int) api.Env {
+	number := func() int {
+		if s.slip(4) {
+			return s.Intn(400) - 50
+		}
+		return s.Intn(120)
+	}
+	numbers := func() []int {
+		var l []int
+		for s.slip(3) {
+			l = append(l, number())
+		}
+		return l
+	}
+	scheme := func() api.Scheme { return api.Scheme{Vars: numbers(), Type: number()} }
+	entry := func() api.Entry {
+		return api.Entry{Name: s.one("x", "f", "r", "A", "B", "E", "D", "v0", "w", "nil", "true"), Is: api.Naming(s.Intn(6)), Scheme: scheme(), At: api.Access{Id: number(), Path: numbers()}, Con: s.Intn(14) - 2, Tag: number(), Count: number(), Arg: s.slip(2)}
+	}
+	var v api.Env
+	for range s.Intn(8) {
+		v.Vals = append(v.Vals, entry())
+	}
+	for range s.Intn(6) {
+		t := api.Typ{Name: s.one("t", "u", "p", "d", "n", "int", "list"), Scheme: scheme()}
+		for s.slip(2) {
+			t.Cons = append(t.Cons, entry())
+		}
+		v.Types = append(v.Types, t)
+	}
+	for range s.Intn(3) * depth {
+		v.Strs = append(v.Strs, api.Str{Name: s.one("A", "B", "C", "S", "T"), At: api.Access{Id: number(), Path: numbers()}, Env: s.garbage(depth - 1)})
+	}
+	return v
+}
+
+// Rule 1: whatever environment was set, Program ends, and does not panic.
+func TestGarbage(t *testing.T) {
+	rounds := 600
+	if testing.Short() {
+		rounds = 200
+	}
+	seen := map[api.Errno]int{}
+	for seed := range rounds {
+		s := &scribe{Rand: rand.New(rand.NewSource(int64(seed)))}
+		d := newDesk(t)
+		s.strs = []known{{"A", s.items(1)}, {"B", s.items(1)}, {"C", s.items(1)}}
+		for range 3 {
+			v := d.env()
+			more := s.garbage(2)
+			d.m.Elab().Set(api.Env{Vals: append(v.Vals, more.Vals...), Types: append(v.Types, more.Types...), Strs: append(v.Strs, more.Strs...)})
+			l, root, ok := tryTree(s.program())
+			if !ok {
+				continue
+			}
+			line, column, e := d.m.Program(l, root)
+			seen[e]++
+			if e == api.OK && (line != 0 || column != 0) {
+				t.Errorf("a place without a fault: %d, %d", line, column)
+			}
+		}
+	}
+	if len(seen) < 8 {
+		t.Errorf("only the errors %v", seen)
 	}
 }
