@@ -36,8 +36,11 @@ type pair struct {
 	back map[int]int
 }
 
-// prelude is what the structure M has, and its structure K.
-const prelude, within = "datatype 'a opt = NONE | SOME of 'a exception X of int and Y val id = fn x => x val n = 1", "exception Z val same = fn x => x val w = ref nil val n = 2.0"
+// prelude is what the structure M has, and its structure K: some names more than once.
+const (
+	prelude = "datatype 'a opt = NONE | SOME of 'a exception X of int and Y val id = 1 val id = fn x => x val n = 1 val lost = 2 datatype lost = lost type opt' = int type opt' = bool"
+	within  = "exception Z val same = fn x => x val w = ref 1 val w = ref nil val n = 2.0"
+)
 
 // newPair makes both, with the same structures.
 func newPair(t testing.TB) *pair {
@@ -51,7 +54,7 @@ func newPair(t testing.TB) *pair {
 	wrap := func(v api.Env) api.Env {
 		k := slices.IndexFunc(v.Vals, func(e api.Entry) bool { return e.Name == "Z" })
 		inner := api.Str{Name: "K", Env: api.Env{Vals: v.Vals[k:]}}
-		m := api.Str{Name: "M", At: api.Access{Id: 50, Path: []int{3}}, Env: api.Env{Vals: v.Vals[first:k], Types: v.Types[types:], Strs: []api.Str{inner}}}
+		m := api.Str{Name: "M", At: api.Access{Id: 50, Path: []int{3}}, Env: api.Env{Vals: v.Vals[first:k], Types: v.Types[types:], Strs: []api.Str{{Name: "K", Env: api.Env{Vals: v.Vals[k : k+1]}}, inner}}}
 		return api.Env{Vals: v.Vals[:first], Types: v.Types[:types], Strs: append(v.Strs, m)}
 	}
 	e.Set(wrap(e.Env()))

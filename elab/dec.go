@@ -38,25 +38,16 @@ func (w *walker) decOpen(i int) {
 	}
 }
 
-// open puts all that counts in a structure into the environment.
+// open puts all that a structure says into the environment, what a name stands for no more, too.
 func (w *walker) open(s *structure) {
-	names := s.names()
-	for i, e := range s.Env.Vals {
-		if names.vals[e.Name] == i {
-			found, _ := s.value(e.Name)
-			w.env.addVal(found)
-		}
+	for _, e := range s.Env.Vals {
+		w.env.addVal(s.placed(e))
 	}
-	for i, t := range s.Env.Types {
-		if names.types[t.Name] == i {
-			w.env.addType(t)
-		}
+	for _, t := range s.Env.Types {
+		w.env.addType(t)
 	}
-	for i, sub := range s.Env.Strs {
-		if names.strs[sub.Name] == i {
-			found, _ := s.sub(sub.Name)
-			w.env.addStr(found)
-		}
+	for _, sub := range s.Env.Strs {
+		w.env.addStr(s.placedSub(sub))
 	}
 }
 

@@ -216,9 +216,12 @@ func TestOpen(t *testing.T) {
 	d.run("open S")
 	got := d.e.Env()
 	d.askRows(d.envRows(api.Env{Vals: got.Vals[n:], Types: got.Types[1:]}), []string{
+		"t = int", // what stands for nothing any more is there, too
 		"u = int | k con int of string 4/5 @6.7",
 		"t = !'a list",
+		"b var int", // it has no field
 		"b con int of string 4/5",
+		"c con int of string 4/5",
 		"c var int @120.8.3",
 		"p prim int",
 		"e exn exn @120.8.4",
@@ -231,6 +234,13 @@ func TestOpen(t *testing.T) {
 		if s, ok := FindStr(got, []string{name}); !ok || !reflect.DeepEqual(s.At, want) {
 			t.Errorf("%s: %v, %v; want it at %v", name, s.At, ok, want)
 		}
+	}
+	var strs []string
+	for _, s := range got.Strs[len(v.Strs):] {
+		strs = append(strs, s.Name)
+	}
+	if !slices.Equal(strs, []string{"I", "a", "J"}) {
+		t.Errorf("the structures %v", strs)
 	}
 	d.run("open I D val x = z open S.I val y = D.a")
 	notes := d.e.Notes()
@@ -252,5 +262,39 @@ func TestOpen(t *testing.T) {
 	}
 	if _, ok := Find(d.e.Env(), nil, "aa"); ok {
 		t.Error("what a refused declaration opened is there")
+	}
+}
+
+// P8.2: DOpen: names that a structure has more than once are there as often, in their order, by Dec of it alone and of what it stands in; the last one of a name counts.
+func TestOpenTwice(t *testing.T) {
+	d := newDesk(t)
+	ints, texts := d.typ("int").Scheme, d.typ("string").Scheme
+	variable := func(name string, s api.Scheme) api.Entry { return api.Entry{Name: name, Is: api.SVar, Scheme: s} }
+	inner := func(name string) api.Str {
+		return api.Str{Name: "T", Env: api.Env{Vals: []api.Entry{variable(name, ints), variable("v", texts)}}}
+	}
+	s := api.Str{Name: "S", At: api.Access{Id: 9}, Env: api.Env{
+		Vals:  []api.Entry{variable("a", ints), variable("b", ints), variable("a", texts), {Name: "b", Is: api.SExn, Scheme: ints}},
+		Types: []api.Typ{{Name: "t", Scheme: ints}, {Name: "t", Scheme: texts}},
+		Strs:  []api.Str{inner("w"), inner("z")},
+	}}
+	for _, text := range []string{"open S", "local in open S end", "local open S in open S end"} {
+		d.e.Set(api.Env{Strs: []api.Str{s}})
+		d.run(text)
+		got := d.e.Env()
+		d.askRows(d.envRows(got), []string{"t = int", "t = string", "a var int @9.0", "b var int @9.1", "a var string @9.0", "b exn int @9.1"})
+		if len(got.Strs) != 3 || got.Strs[1].Env.Vals[0].Name != "w" || got.Strs[2].Env.Vals[0].Name != "z" {
+			t.Fatalf("%q: the structures %v", text, got.Strs)
+		}
+		for _, inner := range got.Strs[1:] {
+			if inner.Name != "T" || !reflect.DeepEqual(inner.At, api.Access{Id: 9, Path: []int{2}}) {
+				t.Errorf("%q: %s is at %v", text, inner.Name, inner.At)
+			}
+		}
+		d.run("val x = (a, T.z)")
+		d.is("x", "string * int")
+		if _, e := d.play("val x = T.w"); e != api.ErrUnbound {
+			t.Errorf("%q: T.w: %v", text, e)
+		}
 	}
 }

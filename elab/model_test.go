@@ -580,7 +580,7 @@ func (r *reading) declare(i int, v api.Env) api.Env {
 			if !ok {
 				r.must(k, api.ErrUnbound)
 			}
-			v = r.open(s, path, v)
+			v = r.open(s, v)
 		}
 		return v
 	}
@@ -588,25 +588,24 @@ func (r *reading) declare(i int, v api.Env) api.Env {
 	return v
 }
 
-// open is the environment with what counts in a structure.
-func (r *reading) open(s api.Str, path []string, v api.Env) api.Env {
-	before := v
-	for i, e := range s.Env.Vals {
-		if !slices.ContainsFunc(s.Env.Vals[i+1:], func(o api.Entry) bool { return o.Name == e.Name }) {
-			found, _ := r.find(before, path, e.Name)
-			v = with(v, found)
-		}
+// open is the environment with all that a structure says: each name where its field is.
+func (r *reading) open(s api.Str, v api.Env) api.Env {
+	fields := r.fieldNames(s.Env)
+	at := func(name string) api.Access {
+		return api.Access{Id: s.At.Id, Path: append(slices.Clone(s.At.Path), slices.Index(fields, name))}
 	}
-	for i, t := range s.Env.Types {
-		if !slices.ContainsFunc(s.Env.Types[i+1:], func(o api.Typ) bool { return o.Name == t.Name }) {
-			v = withType(v, t)
+	for _, e := range s.Env.Vals {
+		e.At = api.Access{}
+		if name := "value " + e.Name; (e.Is == api.SVar || e.Is == api.SExn) && slices.Contains(fields, name) {
+			e.At = at(name)
 		}
+		v = with(v, e)
 	}
-	for i, inner := range s.Env.Strs {
-		if !slices.ContainsFunc(s.Env.Strs[i+1:], func(o api.Str) bool { return o.Name == inner.Name }) {
-			found, _ := r.structure(before, append(slices.Clone(path), inner.Name))
-			v.Strs = append(slices.Clone(v.Strs), found)
-		}
+	v = withType(v, s.Env.Types...)
+	v.Strs = slices.Clone(v.Strs)
+	for _, inner := range s.Env.Strs {
+		inner.At = at("structure " + inner.Name)
+		v.Strs = append(v.Strs, inner)
 	}
 	return v
 }

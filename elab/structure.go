@@ -57,12 +57,16 @@ func (s *structure) value(name string) (api.Entry, bool) {
 	if !ok {
 		return api.Entry{}, false
 	}
-	e := s.Env.Vals[i]
+	return s.placed(s.Env.Vals[i]), true
+}
+
+// placed is an Entry of the structure with where it is: in the field of its name, if there is one.
+func (s *structure) placed(e api.Entry) api.Entry {
 	e.At = api.Access{}
-	if isField(e) {
-		e.At = s.field(s.names().values[name])
+	if place, ok := s.names().values[e.Name]; ok && isField(e) {
+		e.At = s.field(place)
 	}
-	return e, true
+	return e
 }
 
 // typ is the type of a name in the structure.
@@ -81,11 +85,16 @@ func (s *structure) sub(name string) (*structure, bool) {
 		return nil, false
 	}
 	if s.subs[name] == nil {
-		inner := newStructure(s.Env.Strs[i])
-		inner.At = s.field(s.names().structures[name])
-		s.subs[name] = inner
+		s.subs[name] = s.placedSub(s.Env.Strs[i])
 	}
 	return s.subs[name], true
+}
+
+// placedSub is a structure in the structure with where it is.
+func (s *structure) placedSub(sub api.Str) *structure {
+	inner := newStructure(sub)
+	inner.At = s.field(s.names().structures[sub.Name])
+	return inner
 }
 
 // within is the structure of a long name in the structure: itself, if there is no name.

@@ -216,3 +216,28 @@ func TestOpen(t *testing.T) {
 		{"structure A = struct end open A.B", api.ErrUnbound, api.SName, "B"},
 	})
 }
+
+// DOpen: all that a structure's Env says, in its order: names that it has more than once, too.
+func TestOpenAll(t *testing.T) {
+	d := played(t, "structure S = struct val a = 1 val b = 2 val a = \"x\" type t = int type t = bool structure T = struct end structure T = struct val y = 1 end datatype d = C | D of int exception C end")
+	first, said := d.env(), d.str("S").Env
+	if len(said.Vals) != 6 || len(said.Types) != 3 || len(said.Strs) != 2 {
+		t.Fatalf("S says %v", said)
+	}
+	d.run("open S structure Q = struct open S end")
+	got := d.env()
+	for name, v := range map[string]api.Env{"behind open S": {Vals: got.Vals[len(first.Vals):], Types: got.Types[len(first.Types):], Strs: got.Strs[len(first.Strs) : len(got.Strs)-1]}, "in Q": d.str("Q").Env} {
+		if len(v.Vals) != 6 || len(v.Types) != 3 || len(v.Strs) != 2 {
+			t.Fatalf("%s: %v; S says %v", name, v, said)
+		}
+		for i, e := range v.Vals {
+			if want := said.Vals[i]; e.Name != want.Name || e.Is != want.Is || !reflect.DeepEqual(e.Scheme, want.Scheme) {
+				t.Errorf("%s: %v; S says %v", name, e, want)
+			}
+		}
+		if !reflect.DeepEqual(v.Types, said.Types) || v.Strs[0].Name != "T" || len(v.Strs[0].Env.Vals) != 0 || v.Strs[1].Name != "T" || len(v.Strs[1].Env.Vals) != 1 {
+			t.Errorf("%s: %v, %v; S says %v, %v", name, v.Types, v.Strs, said.Types, said.Strs)
+		}
+	}
+	d.is("a", "string", "Q.a", "string", "C", "exn", "T.y", "int")
+}
