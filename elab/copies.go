@@ -1,30 +1,33 @@
 package elab
 
 import (
-	"slices"
-
 	"kiln/api"
+	"kiln/names"
 )
 
 // A declaration that is refused may not turn variables of types that were there before. So others stand for these as long as it is gone over, and both become one when it is taken.
 
 // named is what the name of a node stands for as a value.
 func (w *walker) named(i int) (api.Entry, bool) {
-	e, own, ok := w.env.val(w.nodes[i].Path, w.nodes[i].Text)
-	if ok && !own {
+	e, where, ok := w.env.FindVal(w.nodes[i].Path, w.nodes[i].Text)
+	if ok && !w.isOwn(where) {
 		e.Scheme = w.detached(i, e.Scheme)
 	}
 	return e, ok
 }
 
-// loose are the variables of a type that its scheme has not.
-func (w *walker) loose(s api.Scheme) []int {
-	return slices.DeleteFunc(w.book.Free(s.Type), func(v int) bool { return slices.Contains(s.Vars, v) })
+// isOwn tells whether what was found was put there by this declaration.
+func (w *walker) isOwn(where names.Where) bool {
+	return !where.Other && where.Stamp >= w.start.Stamp
 }
 
 // detached is a scheme in whose type others stand for its loose variables.
 func (w *walker) detached(node int, s api.Scheme) api.Scheme {
-	if vars := w.loose(s); len(vars) > 0 && !w.direct {
+	vars := names.Loose(w.book, s)
+	if len(vars) > 0 {
+		w.borrowed++
+	}
+	if len(vars) > 0 && !w.direct {
 		s.Type = w.detach(node, s.Type, vars)
 	}
 	return s

@@ -133,6 +133,7 @@ func TestStrangeVariables(t *testing.T) {
 			v.Vals = append(v.Vals, api.Entry{Name: name, Is: api.SVar, Scheme: api.Scheme{Type: t}})
 		}
 		v.Vals = append(v.Vals, api.Entry{Name: "C", Is: api.SCon, Con: 9, Count: 1, Scheme: api.Scheme{Type: take}, Arg: true}, api.Entry{Name: "p", Is: api.SPrim, Scheme: api.Scheme{Type: take}})
+		v.Types = append(v.Types, api.Typ{Name: "typ", Scheme: api.Scheme{Type: field}, Cons: []api.Entry{{Name: "Q", Is: api.SCon, Con: 9, Count: 1, Scheme: api.Scheme{Type: take}, Arg: true}}})
 		d.e.Set(v)
 		return d
 	}
@@ -144,6 +145,7 @@ func TestStrangeVariables(t *testing.T) {
 	for _, text := range []string{
 		"val x = (n + 1.0, nobody)", "val x = (fld 1, nobody)", "val x = (#a rcd + 1, nobody)", "val x = (rcd : {a : int, b : int, c : int}, nobody)",
 		"val x = (eq = 1, nobody)", "val x = (sam : {c : int, d : int}, nobody)", "val x = (C 1, nobody)", "val x = (p 1, nobody)", "val x = fn C 1 => nobody",
+		"local datatype c = datatype typ in val x = (Q 1, nobody) end", "local datatype c = datatype typ in val x = fn Q 1 => nobody end", "local datatype c = datatype typ in val x = (1 : c, nobody) end", "val x = (1 : typ, nobody)",
 		"val x = (rcd : {a : int, b : char})", "val x = (sam : {c : int -> int})", "val x = (n : char)", "val x = (rig : int)",
 	} {
 		if _, e := d.play(text); e == api.OK {
@@ -162,6 +164,15 @@ func TestStrangeVariables(t *testing.T) {
 	} {
 		askFault(t, d, f)
 	}
+	if d.run("local datatype c = datatype typ in val x = (1 : c) end"); d.text(d.typ("typ").Scheme.Type) != "int" {
+		t.Error("typ is no int")
+	}
+	d.is("fld", "int")
+	d = build()
+	d.run("datatype c = datatype typ val y = Q 1")
+	d.is("Q", "int -> 'r")
+	d.is("fld", "int")
+	d = build()
 	d.run("val x = ((rcd : {a : int, b : real, c : int}), fn C y => y + 1)")
 	d.is("n", "real")
 	d.is("fld", "int")
@@ -205,4 +216,27 @@ func TestGrownTypes(t *testing.T) {
 		t.Fatal(e)
 	}
 	d.is("s", "'a list ref")
+}
+
+// P8.1: a scheme's variables are what they are now: two that were made one are one.
+func TestSchemesOfJoined(t *testing.T) {
+	d := newDesk(t)
+	b := d.e.Book()
+	one, _ := b.Var(1, false, api.Any)
+	other, _ := b.Var(1, false, api.Any)
+	loose, _ := b.Var(0, false, api.Any)
+	if e := b.Unify(one, other); e != api.OK {
+		t.Fatal(e)
+	}
+	left, right := one, other
+	if b.Free(one)[0] == one {
+		left, right = other, one
+	}
+	f, _ := b.Record([]string{"1", "2"}, right, loose)
+	v := d.e.Env()
+	v.Vals = append(v.Vals, api.Entry{Name: "g", Is: api.SVar, Scheme: api.Scheme{Vars: []int{left}, Type: f}})
+	d.e.Set(v)
+	d.run("val x = (#1 g + 1, #1 g = \"a\", #2 g + 2)")
+	d.is("x", "int * bool * int")
+	d.is("g", "!'a * int")
 }

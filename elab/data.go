@@ -22,20 +22,20 @@ func (w *walker) decData(i int) {
 		w.makeType(d, api.If)
 		group = append(group, d)
 	}
-	before := w.env.mark()
+	before := w.env.Mark()
 	w.fill(group)
-	w.env.cut(before)
+	w.env.Drop(before)
 	if out := w.unequal(group); len(out) > 0 { // a constructor's equality can't be turned: so these, and what they stand in, are made anew
 		for _, d := range out {
 			w.makeType(d, api.Never)
 		}
 		w.fill(group)
-		w.env.cut(before)
+		w.env.Drop(before)
 	}
 	for _, d := range group {
-		w.env.addType(w.typOf(d))
+		w.env.AddTyp(w.typOf(d))
 		for _, c := range d.cons {
-			w.env.addOwn(c)
+			w.addOwn(c)
 		}
 	}
 }
@@ -63,7 +63,7 @@ func (w *walker) typOf(d *datatype) api.Typ {
 func (w *walker) fill(group []*datatype) {
 	for _, d := range group {
 		d.cons = nil
-		w.env.addType(w.typOf(d))
+		w.env.AddTyp(w.typOf(d))
 	}
 	for _, d := range group {
 		around := w.enterTypes(w.heads(d.node, api.TVar), d.vars)

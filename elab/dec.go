@@ -17,37 +17,23 @@ func (w *walker) decModule(i int) { w.check(i, api.ErrModule) }
 
 func (w *walker) decLocal(i int) {
 	kids := w.nodes[i].Kids
-	before := w.env.mark()
+	before := w.env.Mark()
 	w.all(kids[0])
-	between := w.env.mark()
+	between := w.env.Mark()
 	w.all(kids[1])
-	second := w.env.cut(between)
-	w.env.cut(before)
-	w.env.put(second)
+	second := w.env.Cut(between)
+	w.env.Drop(before)
+	w.putOwn(second)
 }
 
 func (w *walker) decOpen(i int) {
 	for _, k := range w.nodes[i].Kids {
 		n := w.nodes[k]
-		s, ok := w.env.str(append(slices.Clone(n.Path), n.Text))
+		s, _, ok := w.env.FindStr(append(slices.Clone(n.Path), n.Text))
 		if !ok {
 			w.check(k, api.ErrUnbound)
 		}
-		w.count(k, len(s.Env.Vals)+len(s.Env.Types)+len(s.Env.Strs))
-		w.open(s)
-	}
-}
-
-// open puts all that a structure says into the environment, what a name stands for no more, too.
-func (w *walker) open(s *structure) {
-	for _, e := range s.Env.Vals {
-		w.env.addVal(s.placed(e))
-	}
-	for _, t := range s.Env.Types {
-		w.env.addType(t)
-	}
-	for _, sub := range s.Env.Strs {
-		w.env.addStr(s.placedSub(sub))
+		w.env.Open(s)
 	}
 }
 
@@ -64,7 +50,7 @@ func (w *walker) decType(i int) {
 		made = append(made, api.Typ{Name: n.Text, Scheme: api.Scheme{Vars: vars, Type: t}})
 	}
 	for _, t := range made {
-		w.env.addType(t)
+		w.env.AddTyp(t)
 	}
 }
 
@@ -86,21 +72,21 @@ func (w *walker) enterTypes(tyvars, types []int) scope {
 	for _, k := range tyvars {
 		names = append(names, w.nodes[k].Text)
 	}
-	w.scope = typeScope{around, meanings(names, types)}
+	w.scope = w.inner(meanings(names, types))
 	return around
 }
 
 func (w *walker) decCopy(i int) {
 	n := w.nodes[i]
 	of := w.nodes[n.Kids[0]]
-	typ, ok := w.env.typ(of.Path, of.Text)
+	typ, _, ok := w.env.FindTyp(of.Path, of.Text)
 	if !ok {
 		w.check(n.Kids[0], api.ErrUnbound)
 	}
 	typ.Name = n.Text
-	w.env.addType(typ)
+	w.env.AddTyp(typ)
 	for _, c := range typ.Cons {
-		w.env.addVal(c)
+		w.env.AddOther(c)
 	}
 }
 
@@ -114,7 +100,7 @@ func (w *walker) decExn(i int) {
 		}
 	}
 	for at, e := range made {
-		w.env.addOwn(e)
+		w.addOwn(e)
 		w.noteEntry(w.nodes[i].Kids[at], e)
 	}
 }

@@ -31,6 +31,9 @@ func TestEscape(t *testing.T) {
 		{"val f = fn x => (§let datatype d = D in D end, let datatype e = E in E end)", api.ELet, api.ErrEscape},
 		{"val r = let datatype d = D in §let datatype d = D in D end end", api.ELet, api.ErrEscape},
 		{"val f = fn x => let datatype d = D in §let datatype e = E in (x = E; 1) end end", api.ELet, api.ErrEscape},
+		{"val x = let local in val r = ref nil end in §let datatype d = D in (r := [D]; 1) end end", api.ELet, api.ErrEscape},
+		{"val x = let local val q = 1 in val r = ref nil val p = q end in §let datatype d = D in (r := [D]; 1) end end", api.ELet, api.ErrEscape},
+		{"val x = let local local in val r = ref nil end in val s = r end in §let datatype d = D in (s := [D]; 1) end end", api.ELet, api.ErrEscape},
 	})
 	askTypes(t, map[string]string{
 		"val it = let datatype d = D in 1 end":                                                         "int",

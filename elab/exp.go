@@ -32,8 +32,21 @@ func (w *walker) primitive(i int, s api.Scheme) int {
 			overloaded = made
 		}
 	}
-	w.prims = append(w.prims, use{i, overloaded})
+	w.noteUse(use{i, overloaded})
 	return w.put(i, s, vars)
+}
+
+// noteUse keeps the use of a primitive in mind. At several places a node may be one that is not overloaded as often as it likes: once is enough.
+func (w *walker) noteUse(u use) {
+	t := &w.traces[u.node]
+	if u.t == none && t.plain == w.walk {
+		return
+	}
+	t.plain = 0
+	if u.t == none {
+		t.plain = w.walk
+	}
+	w.prims = append(w.prims, u)
 }
 
 func (w *walker) expRecord(i int) int { return w.record(i, w.fields(w.nodes[i].Kids, w.exp)) }
@@ -76,16 +89,16 @@ func (w *walker) rule(i, from, to int) {
 	kids := w.nodes[i].Kids
 	w.bound = newBinder()
 	w.unify(i, from, w.pat(kids[0]))
-	before := w.env.mark()
+	before := w.env.Mark()
 	w.addBare(w.bound.names)
 	w.unify(i, to, w.exp(kids[1]))
-	w.env.cut(before)
+	w.env.Drop(before)
 }
 
 // addBare puts names into the environment whose types are not general.
 func (w *walker) addBare(names []binding) {
 	for _, b := range names {
-		w.env.addOwn(b.entry(api.Scheme{Type: b.t}))
+		w.addOwn(b.entry(api.Scheme{Type: b.t}))
 	}
 }
 
@@ -100,10 +113,10 @@ func (w *walker) expRaise(i int) int {
 
 func (w *walker) expLet(i int) int {
 	kids := w.nodes[i].Kids
-	before, made := w.env.mark(), len(w.cons)
+	before, made := w.env.Mark(), len(w.cons)
 	w.all(kids[0])
 	t := w.exp(kids[1])
-	w.env.cut(before)
+	w.env.Drop(before)
 	if len(w.cons) > made && w.escapes(w.cons[made], t) {
 		w.check(i, api.ErrEscape)
 	}

@@ -5,26 +5,32 @@ import (
 	"strings"
 
 	"kiln/api"
+	"kiln/names"
 )
 
 // Slots are the names of the fields of a structure: values, structures.
 func Slots(v api.Env) ([]string, []string) {
 	values, structures := slotsOf(v)
-	return cloneAll(values, strings.Clone), cloneAll(structures, strings.Clone)
+	return cloneTexts(values), cloneTexts(structures)
 }
 
 // Find: what a long name stands for as a value.
 func Find(v api.Env, path []string, name string) (api.Entry, bool) {
 	if len(path) == 0 {
 		e, ok := lastOf(v.Vals, name, entryName)
-		return cloneEntry(e), ok
+		return names.CloneEntry(e), ok
 	}
 	s, ok := structureAt(v, path)
 	if !ok {
 		return api.Entry{}, false
 	}
-	e, ok := s.value(name)
-	return cloneEntry(e), ok
+	e, ok := lastOf(s.Env.Vals, name, entryName)
+	e.At = api.Access{}
+	if ok && names.IsField(e) {
+		values, _ := slotsOf(s.Env)
+		e.At = fieldOf(s, slices.Index(values, name))
+	}
+	return names.CloneEntry(e), ok
 }
 
 // FindType: as a type.
@@ -37,7 +43,7 @@ func FindType(v api.Env, path []string, name string) (api.Typ, bool) {
 		v = s.Env
 	}
 	t, ok := lastOf(v.Types, name, typName)
-	return cloneTyp(t), ok
+	return names.CloneTyp(t), ok
 }
 
 // FindStr: as a structure.
@@ -46,19 +52,30 @@ func FindStr(v api.Env, path []string) (api.Str, bool) {
 	if !ok {
 		return api.Str{}, false
 	}
-	return cloneStr(s.Str), true
+	return api.Str{Name: strings.Clone(s.Name), At: names.CloneAccess(s.At), Env: cloneEnv(s.Env)}, true
 }
 
-// structureAt is the structure of a long name, of which there must be at least one part.
-func structureAt(v api.Env, path []string) (*structure, bool) {
+// structureAt is the structure of a long name, of which there must be at least one part, with where it is.
+func structureAt(v api.Env, path []string) (api.Str, bool) {
 	if len(path) == 0 {
-		return nil, false
+		return api.Str{}, false
 	}
-	str, ok := lastOf(v.Strs, path[0], strName)
-	if !ok {
-		return nil, false
+	s, ok := lastOf(v.Strs, path[0], strName)
+	for _, name := range path[1:] {
+		inner, found := lastOf(s.Env.Strs, name, strName)
+		if !ok || !found {
+			return api.Str{}, false
+		}
+		values, structures := slotsOf(s.Env)
+		inner.At = fieldOf(s, len(values)+slices.Index(structures, name))
+		s = inner
 	}
-	return newStructure(str).within(path[1:])
+	return s, ok
+}
+
+// fieldOf is where a field of a structure is.
+func fieldOf(s api.Str, place int) api.Access {
+	return api.Access{Id: s.At.Id, Path: append(slices.Clone(s.At.Path), place)}
 }
 
 func entryName(e api.Entry) string { return e.Name }
@@ -85,13 +102,10 @@ func lasts[T any](l []T, named func(T) string) map[string]int {
 	return places
 }
 
-// isField tells whether a value has a field in its structure.
-func isField(e api.Entry) bool { return e.Is == api.SVar || e.Is == api.SExn }
-
 // slotsOf are the names of a structure's fields: of values, and behind them of structures.
 func slotsOf(v api.Env) (values, structures []string) {
 	for name, i := range lasts(v.Vals, entryName) {
-		if isField(v.Vals[i]) {
+		if names.IsField(v.Vals[i]) {
 			values = append(values, name)
 		}
 	}

@@ -1,28 +1,39 @@
 package elab
 
 import (
+	"slices"
 	"strconv"
 	"strings"
 
 	"kiln/api"
+	"kiln/names"
 	"kiln/types"
 )
 
 // starter makes the first environment. It asks for no errors: what it makes is small, in a book that is new.
 type starter struct {
-	environment
+	api.Env
 	book *types.Book
 }
 
 // firstEnv is what an elaborator's names stand for at first.
-func firstEnv(b *types.Book) environment {
+func firstEnv(b *types.Book) names.Scope {
 	s := starter{book: b}
 	s.makeTypes()
 	s.makeConstructors()
 	s.makeExceptions()
 	s.makeOperators()
 	s.makePrim()
-	return s.environment
+	return names.ScopeOf(s.Env)
+}
+
+func (s *starter) addVal(e api.Entry) { s.Vals = append(s.Vals, e) }
+
+func (s *starter) addType(t api.Typ) { s.Types = append(s.Types, t) }
+
+// typ is the type of a name.
+func (s *starter) typ(name string) *api.Typ {
+	return &s.Types[slices.IndexFunc(s.Types, func(t api.Typ) bool { return t.Name == name })]
 }
 
 // makeTypes makes the types, of datatypes without their constructors.
@@ -62,7 +73,7 @@ func (s *starter) makeConstructors() {
 		{"::", "'a * 'a list -> 'a list", "list", 0, 2},
 		{"ref", "'a -> 'a ref", "ref", 0, 1},
 	} {
-		typ := &s.types.rows[s.types.last[c.of]].item
+		typ := s.typ(c.of)
 		of, _ := s.book.Look(typ.Scheme.Type)
 		e := api.Entry{Name: c.name, Is: api.SCon, Scheme: s.scheme(c.text, api.Any), Con: of.Con, Tag: c.tag, Count: c.count}
 		e.Arg = strings.Contains(c.text, "->")
@@ -108,7 +119,7 @@ func (s *starter) makePrim() {
 			inside.Vals = append(inside.Vals, api.Entry{Name: p.Name, Is: api.SPrim, Scheme: s.scheme(p.Type, api.Any)})
 		}
 	}
-	s.addStr(newStructure(api.Str{Name: "Prim", Env: inside}))
+	s.Strs = append(s.Strs, api.Str{Name: "Prim", Env: inside})
 }
 
 // scheme is the scheme of a type that is written without parentheses, over its type variables, which are of a class.
@@ -173,8 +184,7 @@ func (r *reader) word(w string) int {
 
 // named is the type of a name, with its arguments.
 func (r *reader) named(name string, args ...int) int {
-	typ, _ := r.types.find(name)
-	t, _ := r.book.Put(typ.Scheme, args...)
+	t, _ := r.book.Put(r.typ(name).Scheme, args...)
 	return t
 }
 

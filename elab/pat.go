@@ -58,7 +58,7 @@ func (w *walker) bindOnce(node int) int {
 
 // matched is what the name of a PName stands for, if that is something that can be matched.
 func (w *walker) matched(i int) (api.Entry, bool) {
-	e, _, ok := w.env.val(w.nodes[i].Path, w.nodes[i].Text)
+	e, _, ok := w.env.FindVal(w.nodes[i].Path, w.nodes[i].Text)
 	if !ok || e.Is != api.SCon && e.Is != api.SExn {
 		return api.Entry{}, false
 	}

@@ -4,6 +4,7 @@ package elab
 type scope interface {
 	tyvar(name string) (int, bool)
 	depth() int
+	key() int // no other scope has it
 }
 
 // ground is the scope around all others.
@@ -11,6 +12,7 @@ type ground struct{}
 
 func (ground) tyvar(string) (int, bool) { return 0, false }
 func (ground) depth() int               { return 0 }
+func (ground) key() int                 { return 0 }
 
 // valScope is the scope of a DVal or DRec, within the one that it embeds: there are types of a level more.
 type valScope struct {
@@ -23,7 +25,16 @@ func (s valScope) depth() int { return s.level }
 // typeScope is a scope with type variables of its own, within the one that it embeds.
 type typeScope struct {
 	scope
-	means map[string]int
+	means  map[string]int
+	number int
+}
+
+func (s typeScope) key() int { return s.number }
+
+// inner is a scope within the one that is, where type variables stand for types.
+func (w *walker) inner(means map[string]int) typeScope {
+	w.scopes++
+	return typeScope{w.scope, means, w.scopes}
 }
 
 func (s typeScope) tyvar(name string) (int, bool) {

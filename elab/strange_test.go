@@ -2,6 +2,8 @@ package elab
 
 import (
 	"reflect"
+	"slices"
+	"strconv"
 	"testing"
 
 	"kiln/api"
@@ -147,8 +149,67 @@ func TestSharedNodes(t *testing.T) {
 	}
 }
 
-// Rule 1: trees that are small, but whose nodes stand at more places than anybody could go over.
+// P8.2: nodes may stand at many places: as long as these are no more items than the document speaks of, no error comes of it.
 func TestManyPlaces(t *testing.T) {
+	record := func(d *desk, part int) int {
+		var fields []int
+		for i := range 256 {
+			fields = append(fields, d.hand(api.NField, strconv.Itoa(i+1), part))
+		}
+		return d.hand(api.TRec, "", fields...)
+	}
+	for name, build := range map[string]func(d *desk) int{
+		"types": func(d *desk) int {
+			ty := record(d, d.hand(api.TVar, "'a"))
+			typed := d.hand(api.PTyped, "", d.hand(api.PWild, ""), d.hand(api.TArrow, "", ty, ty))
+			fn := d.hand(api.EFn, "", d.hand(api.NRule, "", d.hand(api.PName, "x"), d.hand(api.EName, "x")))
+			return d.hand(api.DVal, "", slices.Repeat([]int{d.hand(api.NBind, "", typed, fn)}, 20000)...)
+		},
+		"types in types": func(d *desk) int { // which nobody could write out
+			ty := d.hand(api.TCon, "int")
+			for range 60 {
+				ty = d.hand(api.TCon, "phantom", ty, ty)
+			}
+			return d.hand(api.DExn, "", d.hand(api.NCon, "E", ty))
+		},
+		"constants": func(d *desk) int {
+			bind := d.hand(api.NBind, "", d.hand(api.NInt, "1"), d.hand(api.NInt, "2"))
+			return d.hand(api.DVal, "", slices.Repeat([]int{bind}, 3<<19)...)
+		},
+		"names": func(d *desk) int {
+			bind := d.hand(api.NBind, "", d.hand(api.NInt, "1"), d.hand(api.EName, "one"))
+			return d.hand(api.DVal, "", slices.Repeat([]int{bind}, 3<<19)...)
+		},
+		"handlers": func(d *desk) int {
+			e := d.hand(api.NInt, "1")
+			for range 20 {
+				e = d.hand(api.EHandle, "", e, d.hand(api.NRule, "", d.hand(api.PName, "Div"), e))
+			}
+			return d.hand(api.DVal, "", d.hand(api.NBind, "", d.hand(api.PWild, ""), e))
+		},
+		"open": func(d *desk) int {
+			open := d.hand(api.DOpen, "", slices.Repeat([]int{d.hand(api.SName, "Prim")}, 1<<18)...)
+			let := d.hand(api.ELet, "", d.hand(api.NDecs, "", open, open, open), d.hand(api.EName, "size"))
+			return d.hand(api.DVal, "", d.hand(api.NBind, "", d.hand(api.PName, "it"), let))
+		},
+		"local": func(d *desk) int {
+			dec := d.hand(api.DType, "", d.hand(api.NTybind, "t", d.hand(api.TCon, "int")))
+			local := d.hand(api.DLocal, "", d.hand(api.NDecs, "", dec), d.hand(api.NDecs, ""))
+			return d.hand(api.DLocal, "", d.hand(api.NDecs, "", slices.Repeat([]int{local}, 3<<19)...), d.hand(api.NDecs, "", dec))
+		},
+	} {
+		d := played(t, "type ('a, 'b) phantom = int val one = 1")
+		d.l = nil
+		d.root = build(d)
+		d.start()
+		if at, e := d.dec(d.root); e != api.OK {
+			t.Errorf("%s: %v at %d", name, e, at)
+		}
+	}
+}
+
+// Rule 1: trees that are small, but whose nodes stand at more places than anybody could go over.
+func TestTooManyPlaces(t *testing.T) {
 	for name, build := range map[string]func(d *desk) int{
 		"handle": func(d *desk) int {
 			e := d.hand(api.NInt, "1")
@@ -156,13 +217,6 @@ func TestManyPlaces(t *testing.T) {
 				e = d.hand(api.EHandle, "", e, d.hand(api.NRule, "", d.hand(api.PName, "Div"), e))
 			}
 			return d.hand(api.DVal, "", d.hand(api.NBind, "", d.hand(api.PWild, ""), e))
-		},
-		"types": func(d *desk) int {
-			ty := d.hand(api.TCon, "int")
-			for range 60 {
-				ty = d.hand(api.TCon, "phantom", ty, ty)
-			}
-			return d.hand(api.DExn, "", d.hand(api.NCon, "E", ty))
 		},
 		"exceptions": func(d *desk) int {
 			dec := d.hand(api.DExn, "", d.hand(api.NCon, "E"))
@@ -179,8 +233,7 @@ func TestManyPlaces(t *testing.T) {
 			return dec
 		},
 	} {
-		d := played(t, "type ('a, 'b) phantom = int")
-		d.l = nil
+		d := newDesk(t)
 		d.root = build(d)
 		d.start()
 		env := d.e.Env()
@@ -189,6 +242,180 @@ func TestManyPlaces(t *testing.T) {
 		}
 		if !reflect.DeepEqual(d.e.Env(), env) {
 			t.Errorf("%s: another environment", name)
+		}
+	}
+}
+
+// P8.2: a type's node that stands at several places is what it is at each: with other names around it, other type variables, or types that were turned, it is another type.
+func TestTypesAgain(t *testing.T) {
+	d := newDesk(t)
+	named := d.hand(api.TCon, "t")
+	value := func(name string) int { // fn (x : t) => x
+		rule := d.hand(api.NRule, "", d.hand(api.PTyped, "", d.hand(api.PName, "x"), named), d.hand(api.EName, "x"))
+		return d.hand(api.DVal, "", d.hand(api.NBind, "", d.hand(api.PName, name), d.hand(api.EFn, "", rule)))
+	}
+	alias := func(of string) int {
+		return d.hand(api.DType, "", d.hand(api.NTybind, "t", d.hand(api.TCon, of)))
+	}
+	data := d.hand(api.DData, "", d.hand(api.NDatbind, "t", d.hand(api.NCon, "T", named)))
+	inner := d.hand(api.DLocal, "", d.hand(api.NDecs, "", alias("bool")), d.hand(api.NDecs, "", value("c")))
+	d.root = d.hand(api.DLocal, "", d.hand(api.NDecs, "", alias("int")), d.hand(api.NDecs, "", value("a"), alias("real"), value("b"), inner, value("d"), data, value("e")))
+	d.start()
+	if at, e := d.dec(d.root); e != api.OK {
+		t.Fatalf("%v at %d", e, at)
+	}
+	for name, want := range map[string]string{"a": "int -> int", "b": "real -> real", "c": "bool -> bool", "d": "real -> real", "e": "t -> t", "T": "t -> t"} {
+		d.is(name, want)
+	}
+
+	d = newDesk(t)
+	named = d.hand(api.TCon, "t")
+	let := func(of, text string, kind api.NodeKind) int { // a scope of names alone
+		typed := d.hand(api.ETyped, "", d.hand(kind, text), named)
+		return d.hand(api.ELet, "", d.hand(api.NDecs, "", alias(of)), typed)
+	}
+	fields := []int{d.hand(api.NField, "1", let("int", "1", api.NInt)), d.hand(api.NField, "2", let("string", "a", api.NString)), d.hand(api.NField, "3", let("real", "1.5", api.NReal))}
+	d.handVal(d.hand(api.PName, "x"), d.hand(api.ERecord, "", fields...))
+	if at, e := d.dec(d.root); e != api.OK {
+		t.Fatalf("%v at %d", e, at)
+	}
+	d.is("x", "int * string * real")
+
+	d = newDesk(t)
+	ints := d.hand(api.TCon, "int") // in the first environment, with no scope around
+	pair := d.hand(api.TRec, "", d.hand(api.NField, "1", ints), d.hand(api.NField, "2", ints))
+	d.handTop(d.hand(api.DExn, "", d.hand(api.NCon, "E", pair), d.hand(api.NCon, "F", pair)))
+	if at, e := d.dec(d.root - 1); e != api.OK {
+		t.Fatalf("%v at %d", e, at)
+	}
+	d.is("E", "int * int -> exn")
+	d.is("F", "int * int -> exn")
+
+	d = newDesk(t)
+	variable := d.hand(api.TVar, "'a")
+	fn := func() int {
+		rule := d.hand(api.NRule, "", d.hand(api.PTyped, "", d.hand(api.PName, "x"), variable), d.hand(api.EName, "x"))
+		return d.hand(api.EFn, "", rule)
+	}
+	one := d.hand(api.DVal, "", d.hand(api.NBind, "", d.hand(api.PName, "f"), fn()))
+	other := d.hand(api.DVal, "", d.hand(api.NBind, "", d.hand(api.PName, "g"), fn()))
+	both := d.hand(api.DVal, "", d.hand(api.NBind, "", d.hand(api.PName, "h"), fn()), d.hand(api.NBind, "", d.hand(api.PName, "i"), fn()))
+	d.handTop(d.hand(api.DLocal, "", d.hand(api.NDecs, ""), d.hand(api.NDecs, "", one, other, both)))
+	if at, e := d.dec(d.root - 1); e != api.OK {
+		t.Fatalf("%v at %d", e, at)
+	}
+	for _, name := range []string{"f", "g", "h", "i"} {
+		d.is(name, "!'a -> 'a")
+	}
+}
+
+// P8.2: a type of an environment that was set, of which something becomes: at each place it is what it is by then.
+func TestLooseTypesAgain(t *testing.T) {
+	d := newDesk(t)
+	v := d.e.Env()
+	for _, name := range []string{"y", "z", "w"} { // a value, and a type likewise
+		loose, _ := d.e.Book().Var(0, false, api.Any)
+		v.Types = append(v.Types, api.Typ{Name: name, Scheme: api.Scheme{Type: loose}})
+		v.Vals = append(v.Vals, api.Entry{Name: name, Is: api.SVar, Scheme: api.Scheme{Type: loose}})
+	}
+	d.e.Set(v)
+	tuple := func(n, part int) int {
+		var fields []int
+		for i := range n {
+			fields = append(fields, d.hand(api.NField, strconv.Itoa(i+1), part))
+		}
+		return d.hand(api.TRec, "", fields...)
+	}
+	again := d.hand(api.TCon, "y")
+	var fields []int
+	for i, f := range []struct {
+		name string
+		ty   int
+	}{
+		{"y", again},
+		{"y", tuple(2, d.hand(api.TCon, "z"))},
+		{"w", again},
+		{"z", tuple(11, tuple(100, d.hand(api.TCon, "int")))},
+		{"w", again}, // too large now, by the name as by the type
+	} {
+		fields = append(fields, d.hand(api.NField, strconv.Itoa(i+1), d.hand(api.ETyped, "", d.hand(api.EName, f.name), f.ty)))
+	}
+	fields[4] = d.hand(api.NField, "5", d.hand(api.ETyped, "", d.hand(api.NInt, "1"), again))
+	d.handVal(d.hand(api.PWild, ""), d.hand(api.ERecord, "", fields...))
+	if at, e := d.dec(d.root); e != api.ErrLong || at != again {
+		t.Errorf("%v at %d; want it at %d", e, at, again)
+	}
+	for i, f := range fields[:4] {
+		if i == 2 {
+			d.is("w", "'a")
+		}
+		d.handVal(d.hand(api.PWild, ""), d.l[f].Kids[0])
+		if at, e := d.dec(d.root); e != api.OK {
+			t.Fatalf("%v at %d", e, at)
+		}
+	}
+	d.handVal(d.hand(api.PWild, ""), d.hand(api.EName, "w"))
+	if at, e := d.dec(d.root); e != api.ErrLong {
+		t.Errorf("w: %v at %d", e, at)
+	}
+}
+
+// P8.2: a declaration that is refused has left no note, wherever its nodes stand; and notes that were there are there.
+func TestNotesAgain(t *testing.T) {
+	d := newDesk(t)
+	name, size := d.hand(api.EName, "true"), d.hand(api.EName, "Prim.size")
+	d.l[size].Text, d.l[size].Path = "size", []string{"Prim"}
+	field := func(label string, e int) int { return d.hand(api.NField, label, e) }
+	good := d.hand(api.DVal, "", d.hand(api.NBind, "", d.hand(api.PWild, ""), d.hand(api.ERecord, "", field("1", name), field("2", size))))
+	inner := d.hand(api.EFn, "", d.hand(api.NRule, "", d.hand(api.PName, "true'"), name), d.hand(api.NRule, "", d.hand(api.PWild, ""), name))
+	bad := d.hand(api.DVal, "", d.hand(api.NBind, "", d.hand(api.PWild, ""), d.hand(api.ERecord, "", field("1", name), field("2", size), field("3", inner), field("4", name), field("5", size), field("6", d.hand(api.EName, "nobody")))))
+	d.handTop(good, bad)
+	if at, e := d.dec(good); e != api.OK {
+		t.Fatalf("%v at %d", e, at)
+	}
+	want := d.e.Notes()
+	if want[name].Is != api.SCon || want[size].Is != api.SPrim || want[size].Con != -1 {
+		t.Fatalf("the notes %v", want)
+	}
+	if _, e := d.dec(bad); e != api.ErrUnbound {
+		t.Fatal(e)
+	}
+	if got := d.e.Notes(); !reflect.DeepEqual(got, want) {
+		t.Errorf("the notes %v; want %v", got, want)
+	}
+}
+
+// P8.2: a name at several places, that is a primitive of one type at one of them, and of none at another: as it stands last.
+func TestPrimitivesAgain(t *testing.T) {
+	for _, last := range []string{"plain", "overloaded"} {
+		d := newDesk(t)
+		v := d.e.Env()
+		v.Strs = append(v.Strs, api.Str{Name: "S", Env: api.Env{Vals: []api.Entry{{Name: "+", Is: api.SPrim, Scheme: d.val("div").Scheme}}}})
+		d.e.Set(v)
+		plus := d.hand(api.EName, "+")
+		plain := func() int {
+			return d.hand(api.ELet, "", d.hand(api.NDecs, "", d.hand(api.DOpen, "", d.hand(api.SName, "S"))), plus)
+		}
+		real := func() int {
+			ty := d.hand(api.TCon, "real")
+			two := d.hand(api.TRec, "", d.hand(api.NField, "1", ty), d.hand(api.NField, "2", ty))
+			return d.hand(api.ETyped, "", plus, d.hand(api.TArrow, "", two, ty))
+		}
+		list := []int{plain(), plain(), real(), plain(), real(), real()}
+		want := api.ConReal
+		if last == "plain" {
+			list, want = append(list, plain(), plain()), -1
+		}
+		var fields []int
+		for i, e := range list {
+			fields = append(fields, d.hand(api.NField, strconv.Itoa(i+1), e))
+		}
+		d.handVal(d.hand(api.PWild, ""), d.hand(api.ERecord, "", fields...))
+		if at, e := d.dec(d.root); e != api.OK {
+			t.Fatalf("%v at %d", e, at)
+		}
+		if got := d.e.Notes()[plus]; got.Is != api.SPrim || got.Con != want {
+			t.Errorf("%s: %v; want %d", last, got, want)
 		}
 	}
 }

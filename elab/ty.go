@@ -18,7 +18,7 @@ func (w *walker) tyVariable(i int) int {
 
 func (w *walker) tyCon(i int) int {
 	n := w.nodes[i]
-	typ, ok := w.env.typ(n.Path, n.Text)
+	typ, _, ok := w.env.FindTyp(n.Path, n.Text)
 	if !ok {
 		w.check(i, api.ErrUnbound)
 	}
@@ -55,7 +55,10 @@ func (w *walker) fields(nodes []int, of func(int) int) []field {
 
 // inOrder are the labels and the types of fields, as the book takes them.
 func inOrder(l []field) ([]string, []int) {
-	slices.SortStableFunc(l, func(a, b field) int { return compareLabels(a.label, b.label) })
+	byLabel := func(a, b field) int { return compareLabels(a.label, b.label) }
+	if !slices.IsSortedFunc(l, byLabel) {
+		slices.SortStableFunc(l, byLabel)
+	}
 	var labels []string
 	var types []int
 	for _, f := range l {

@@ -39,14 +39,14 @@ func (w *walker) decRec(i int) {
 		b := w.recName(k)
 		binds = append(binds, bind{k, b.t, []binding{b}})
 	}
-	before := w.env.mark()
+	before := w.env.Mark()
 	for _, b := range binds {
 		w.addBare(b.names)
 	}
 	for _, b := range binds {
 		w.unify(b.node, b.t, w.exp(w.nodes[b.node].Kids[1]))
 	}
-	w.env.cut(before)
+	w.env.Drop(before)
 	w.scope = around
 	w.conclude(binds, func(int) bool { return true })
 }
@@ -72,7 +72,7 @@ func (w *walker) recName(i int) binding {
 // enter begins the scope of a DVal or DRec, and answers the one around it.
 func (w *walker) enter(i int) scope {
 	around := w.scope
-	s := valScope{typeScope{around, map[string]int{}}, around.depth() + 1}
+	s := valScope{w.inner(map[string]int{}), around.depth() + 1}
 	for _, k := range w.tyvarsOf(i) {
 		name := w.nodes[k].Text
 		if _, ok := s.tyvar(name); !ok {
@@ -93,10 +93,10 @@ func (w *walker) tyvarsOf(i int) []int {
 	for len(todo) > 0 {
 		k := todo[len(todo)-1]
 		todo = todo[:len(todo)-1]
-		if w.met[k] == w.search {
+		if w.traces[k].met == w.search {
 			continue
 		}
-		w.met[k] = w.search
+		w.traces[k].met = w.search
 		switch n := w.nodes[k]; n.Kind {
 		case api.DVal, api.DRec:
 		case api.TVar:
@@ -128,7 +128,7 @@ func (w *walker) conclude(binds []bind, isValue func(int) bool) {
 		}
 	}
 	for _, e := range entries {
-		w.env.addOwn(e)
+		w.addOwn(e)
 	}
 }
 

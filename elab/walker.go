@@ -1,27 +1,35 @@
 package elab
 
 import (
-	"slices"
-
 	"kiln/api"
+	"kiln/names"
 )
+
+// none is where a place or a type might stand, but there is none.
+const none = -1
 
 // walker goes over a declaration, or a type.
 type walker struct {
 	*Elab
 	scope
 	ways
-	first   int  // the number that was to be given out next before
-	start   mark // how far the environment went before
-	steps   int
-	bound   *binder     // of the patterns that are gone over
-	cons    []int       // the type constructors that were made, rising
-	prims   []use       // each EName of a primitive, with the type that stands for its variable with a class, or none
-	records []use       // each PRecord, with its type
-	old     []former    // what notes were before
-	direct  bool        // variables that were there before are turned themselves
-	copies  map[int]int // of variables that were there before: those that stand for them till the end
-	order   []int       // these variables, as they were met
+	first    int        // the number that was to be given out next before
+	start    names.Mark // how far the environment went before
+	watched  []int      // the rows of variables of this declaration whose types may still turn, rising
+	limit    int        // how many steps there may be
+	steps    int
+	bound    *binder     // of the patterns that are gone over
+	cons     []int       // the type constructors that were made, rising
+	prims    []use       // each EName of a primitive, with the type that stands for its variable with a class, or none
+	records  []use       // each PRecord, with its type
+	old      []former    // what notes were before
+	scopes   int         // how many scopes there were
+	here     setting     // where a type at several places was gone over last
+	known    map[int]int // of nodes of such types: what they are there
+	borrowed int         // how often a type was met that may still turn
+	direct   bool        // variables that were there before are turned themselves
+	copies   map[int]int // of variables that were there before: those that stand for them till the end
+	order    []int       // these variables, as they were met
 }
 
 // use is a node with a type that it has at a place: a node may stand at several.
@@ -39,8 +47,10 @@ type fault struct {
 	errno api.Errno
 }
 
-func newWalker(e *Elab) *walker {
-	return &walker{Elab: e, first: e.next, start: e.env.mark(), scope: ground{}, ways: newWays(), copies: map[int]int{}}
+// newWalker is one for a node.
+func newWalker(e *Elab, i int) *walker {
+	e.walk++
+	return &walker{Elab: e, first: e.next, start: e.env.Mark(), limit: e.limitOf(i), scope: ground{}, ways: newWays(), known: map[int]int{}, copies: map[int]int{}}
 }
 
 // try does some work, and answers the place of the fault that ends it, if there is one; then names, notes and numbers are as before.
@@ -63,9 +73,9 @@ func (w *walker) try(work func()) (line, column int, e api.Errno) {
 
 // back makes names, notes and numbers what they were.
 func (w *walker) back() {
-	w.env.cut(w.start)
+	w.env.Drop(w.start)
 	w.next = w.first
-	for _, f := range slices.Backward(w.old) {
+	for _, f := range w.old {
 		w.notes[f.node] = f.note
 	}
 }
@@ -79,7 +89,10 @@ func (w *walker) check(node int, e api.Errno) {
 
 // note says what is known of a node.
 func (w *walker) note(node int, n api.Note) {
-	w.old = append(w.old, former{node, w.notes[node]})
+	if t := &w.traces[node]; t.noted != w.walk { // at several places it may be more than once
+		t.noted = w.walk
+		w.old = append(w.old, former{node, w.notes[node]})
+	}
 	w.notes[node] = n
 }
 

@@ -75,32 +75,24 @@ func isDec(k api.NodeKind) bool { return decWays()[k] != nil }
 func isTy(k api.NodeKind) bool { return tyWays()[k] != nil }
 
 func (w *walker) ty(i int) int {
-	w.count(i, 1)
+	w.count(i)
+	if w.standing[i].again {
+		return w.tyAgain(i)
+	}
 	return w.tys[w.nodes[i].Kind](w, i)
 }
 
 func (w *walker) pat(i int) int {
-	w.count(i, 1)
+	w.count(i)
 	return w.pats[w.nodes[i].Kind](w, i)
 }
 
 func (w *walker) exp(i int) int {
-	w.count(i, 1)
+	w.count(i)
 	return w.exps[w.nodes[i].Kind](w, i)
 }
 
 func (w *walker) dec(i int) {
-	w.count(i, 1)
+	w.count(i)
 	w.decs[w.nodes[i].Kind](w, i)
-}
-
-// mostSteps is how many steps there may be beyond one for each node.
-const mostSteps = 1 << 21
-
-// count counts steps. A tree that is made by hand can have its nodes at so many places that nobody lives to see it written out: going over it ends here.
-func (w *walker) count(node, steps int) {
-	w.steps += steps
-	if w.steps > len(w.nodes)+mostSteps {
-		w.check(node, api.ErrMany)
-	}
 }

@@ -1,18 +1,22 @@
 package modules
 
 import (
+	"math"
+	"slices"
+
 	"kiln/api"
 	"kiln/elab"
+	"kiln/names"
 	"kiln/tree"
 )
 
 // checker keeps what goes on from program to program.
 type checker struct {
 	*elab.Elab
-	sigs     table[api.Sigma]
-	functors table[api.Functor]
-	parts    map[int][]api.Part // of nodes of the last program
-	cons     int                // how many type constructors the book has at least
+	sigs     names.Table[sigma]
+	functors names.Table[functor]
+	parts    map[int]source // of nodes of the last program
+	cons     int            // how many type constructors the book has at least
 }
 
 // begin begins a program's tree.
@@ -40,13 +44,19 @@ func (c *checker) constructors() int {
 type walker struct {
 	*checker
 	nodes   []api.Node
-	env     environment
-	done    mark  // how far the environment goes with the root's declarations that are done
-	decl    int   // the place of the one that is gone over, among the root's kids
-	weights []int // of each node: at how many places those below it stand
-	met     []int // of each node: the search that met it last
-	search  int   // how many searches there were
+	env     names.Scope
+	done    names.Mark // how far the environment goes with the root's declarations that are done
+	decl    int        // the place of the one that is gone over, among the root's kids
+	first   []int      // of each node: the first of the root's declarations that has it below it, from 1 on
+	former  former     // what the one that is gone over may have changed
+	weights []int      // of each node: at how many places it and those below it stand
+	met     []int      // of each node: the search that met it last
+	search  int        // how many searches there were
+	limit   int        // how many steps there may be
 	steps   int
+	kept    int                     // how many bytes the environments of structures and signatures have
+	closed  map[*names.Env]struct{} // environments in which no type can turn
+	loan    *loan                   // of the root's declaration that is gone over
 }
 
 // fault is what is wrong, and where.
@@ -56,16 +66,19 @@ type fault struct {
 }
 
 func newWalker(c *checker, l []api.Node, root int) *walker {
-	w := &walker{checker: c, nodes: l, weights: make([]int, len(l)), met: make([]int, len(l))}
-	c.parts = map[int][]api.Part{}
+	w := &walker{checker: c, nodes: l, first: make([]int, len(l)), weights: make([]int, len(l)), met: make([]int, len(l)), limit: math.MaxInt, closed: map[*names.Env]struct{}{}}
+	c.parts = map[int]source{}
 	for _, i := range tree.Below(l, root) {
 		w.weights[i] = 1
 		for _, k := range l[i].Kids {
-			w.weights[i] = min(w.weights[i]+w.weights[k], mostSteps)
+			w.weights[i] = min(w.weights[i]+w.weights[k], mostPlaces+1)
 		}
 	}
-	w.env.put(c.Env())
-	w.done = w.env.mark()
+	if w.weights[root] > mostPlaces {
+		w.limit = len(l) + mostSteps
+	}
+	w.env = names.ScopeOf(c.Env())
+	w.done = w.env.Mark()
 	return w
 }
 
@@ -81,7 +94,7 @@ func (w *walker) program(root int) (line, column int, e api.Errno) {
 			w.back(root)
 			line, column, e = f.line, f.column, f.errno
 		}
-		w.Set(w.env.since(mark{}))
+		w.Set(w.env.Lent())
 	}()
 	w.root(root)
 	return 0, 0, api.OK
@@ -89,18 +102,58 @@ func (w *walker) program(root int) (line, column int, e api.Errno) {
 
 // back makes all what it was ahead of the root's declaration that has the fault. (What that one made in the book stays, and its numbers are not given out again.)
 func (w *walker) back(root int) {
-	w.env.cut(w.done)
-	kids := w.nodes[root].Kids
-	w.search++
-	for _, i := range tree.Below(w.nodes, kids[:w.decl]...) {
-		w.met[i] = w.search
+	w.env.Drop(w.done)
+	for _, p := range slices.Backward(w.former.parts) {
+		w.parts[p.node] = p.source
 	}
-	for _, i := range tree.Below(w.nodes, kids[w.decl]) {
-		if w.met[i] != w.search {
+	for _, i := range tree.Below(w.nodes, w.nodes[root].Kids[w.decl]) {
+		if w.first[i] == w.decl+1 {
 			w.Note(i, api.Note{})
-			delete(w.parts, i)
+		} else if len(w.former.notes) > 0 {
+			w.Note(i, w.former.notes[i])
 		}
 	}
+}
+
+// former is what notes and parts were ahead of a declaration.
+type former struct {
+	notes []api.Note // none, if no node below it stands below one ahead of it, too
+	parts []formerParts
+}
+
+type formerParts struct {
+	node   int
+	source source
+}
+
+// setParts says of a node of what its parts are.
+func (w *walker) setParts(node int, s source) {
+	w.former.parts = append(w.former.parts, formerParts{node, w.parts[node]})
+	w.parts[node] = s
+}
+
+// enter begins the root's declaration that is gone over next.
+func (w *walker) enter(i int) {
+	w.former = former{}
+	if w.mark(i) {
+		w.former.notes = w.Notes()
+	}
+}
+
+// mark marks the nodes below a declaration of the root, and tells whether one of them stands below one ahead of it, too.
+func (w *walker) mark(i int) bool {
+	again := false
+	todo := []int{i}
+	for len(todo) > 0 {
+		k := todo[len(todo)-1]
+		todo = todo[:len(todo)-1]
+		if w.first[k] == 0 {
+			w.first[k] = w.decl + 1
+			todo = append(todo, w.nodes[k].Kids...)
+		}
+		again = again || w.first[k] <= w.decl
+	}
+	return again
 }
 
 // check ends the work with a fault at a node, if there is an error.
@@ -115,13 +168,33 @@ func (w *walker) checkAt(line, column int, e api.Errno) {
 	}
 }
 
-// mostSteps is how many steps there may be beyond one for each node.
+// mostPlaces is how many places the nodes of a tree may stand at: of more items the document promises nothing.
+const mostPlaces = 1<<31 - 1
+
+// mostSteps is how many steps there may be of a tree with more places, beyond one for each node.
 const mostSteps = 1 << 21
 
-// count counts steps: places where nodes stand, and names that are there once more by a structure's, a signature's or a functor's name. A tree that is made by hand can have its nodes at so many places, and a structure of structures, again and again, so many names, that nobody lives to see them written out: going over it ends here.
+// count counts steps: places where nodes stand. A tree that is made by hand can have its nodes at so many that nobody lives to see it written out: going over it must end.
 func (w *walker) count(node, steps int) {
 	w.steps += steps
-	if w.steps > len(w.nodes)+mostSteps {
+	if w.steps > w.limit {
+		w.check(node, api.ErrMany)
+	}
+	w.room(node)
+}
+
+// keep counts the bytes of an environment that is made at a node.
+func (w *walker) keep(node int, v *names.Env) {
+	w.kept += v.Weight()
+	w.room(node)
+}
+
+// mostKept is how many bytes environments of structures and signatures may have: of what can be told some is made anew for a signature's name, for matching, and for an opaque ascription.
+const mostKept = 4 * names.Most
+
+// room ends the work, if there are more names than anybody can be told of.
+func (w *walker) room(node int) {
+	if w.env.Weight() > names.Most || w.kept > mostKept {
 		w.check(node, api.ErrMany)
 	}
 }

@@ -177,6 +177,9 @@ func (p *pair) tree(text string, l []api.Node, root int) api.Errno {
 	if got != want || line != at {
 		p.t.Fatalf("%q: %v at %d; want %v at %d", text, got, line-1, want, at-1)
 	}
+	if got != api.OK && line > 0 {
+		p.m.Elab().Fresh() // as the second reading did
+	}
 	p.compare(text, len(l))
 	return got
 }
@@ -224,8 +227,10 @@ func (p *pair) compare(text string, nodes int) {
 			p.t.Fatalf("%q: node %d: %v; want %v", text, i, notes[i], want[i])
 		}
 	}
-	if a, b := p.m.Elab().Fresh(), p.r.Fresh(); a != b {
-		p.t.Fatalf("%q: the next number is %d; want %d", text, a, b)
+	var number int
+	p.r.do(func(r *reading) { number = r.Fresh() })
+	if a := p.m.Elab().Fresh(); a != number {
+		p.t.Fatalf("%q: the next number is %d; want %d", text, a, number)
 	}
 }
 

@@ -5,75 +5,80 @@ import (
 	"strings"
 
 	"kiln/api"
+	"kiln/names"
 )
 
-// Bounds of an environment that can be copied, above what the document promises something of: one that is made by hand can have itself as a structure in it.
-const (
-	mostNested = 1 << 17
-	mostNames  = 1 << 25
-)
-
-// within tells whether an environment has no more structures nested in one another, and no more names in all; what is left of these is told.
-func within(v api.Env, nested int, names *int) bool {
-	*names -= len(v.Vals) + len(v.Types) + len(v.Strs)
+// within tells whether an environment has no more structures nested in one another, and no more bytes in all; what is left of these is told. (One that is made by hand can have itself as a structure in it.)
+func within(v api.Env, nested int, left *int) bool {
+	*left -= names.Weigh(v)
 	for _, s := range v.Strs {
-		if nested == 0 || *names < 0 || !within(s.Env, nested-1, names) {
+		if nested == 0 || *left < 0 || !within(s.Env, nested-1, left) {
 			return false
 		}
 	}
-	return *names >= 0
-}
-
-// copyAll is the same items in new memory.
-func copyAll[T any](l []T, of func(T) T) []T {
-	l = slices.Clone(l)
-	for i, item := range l {
-		l[i] = of(item)
-	}
-	return l
-}
-
-func copyAccess(a api.Access) api.Access {
-	a.Path = slices.Clone(a.Path)
-	return a
-}
-
-func copyScheme(s api.Scheme) api.Scheme {
-	s.Vars = slices.Clone(s.Vars)
-	return s
-}
-
-func copyEntry(e api.Entry) api.Entry {
-	e.Name, e.Scheme, e.At = strings.Clone(e.Name), copyScheme(e.Scheme), copyAccess(e.At)
-	return e
-}
-
-func copyTyp(t api.Typ) api.Typ {
-	t.Name, t.Scheme, t.Cons = strings.Clone(t.Name), copyScheme(t.Scheme), copyAll(t.Cons, copyEntry)
-	return t
+	return *left >= 0
 }
 
 func copyStr(s api.Str) api.Str {
-	s.Name, s.At, s.Env = strings.Clone(s.Name), copyAccess(s.At), copyEnv(s.Env)
-	return s
+	return api.Str{Name: strings.Clone(s.Name), At: names.CloneAccess(s.At), Env: copyEnv(s.Env)}
 }
 
 func copyEnv(v api.Env) api.Env {
-	return api.Env{Vals: copyAll(v.Vals, copyEntry), Types: copyAll(v.Types, copyTyp), Strs: copyAll(v.Strs, copyStr)}
+	return api.Env{
+		Vals:  names.CloneAll(v.Vals, names.CloneEntry),
+		Types: names.CloneAll(v.Types, names.CloneTyp),
+		Strs:  names.CloneAll(v.Strs, copyStr),
+	}
 }
 
-func copySigma(s api.Sigma) api.Sigma {
-	s.Name, s.Env, s.Flex = strings.Clone(s.Name), copyEnv(s.Env), slices.Clone(s.Flex)
-	return s
+// sigma is a signature: what it names, and its flexible type constructors.
+type sigma struct {
+	name string
+	env  *names.Env
+	flex []int
 }
 
-func copyFunctor(f api.Functor) api.Functor {
-	f.Name, f.At = strings.Clone(f.Name), copyAccess(f.At)
-	f.Param, f.Body, f.New = copySigma(f.Param), copyEnv(f.Body), slices.Clone(f.New)
-	return f
+// toldSigs are signatures in new memory.
+func toldSigs(l []sigma) []api.Sigma {
+	var envs []*names.Env
+	for _, s := range l {
+		envs = append(envs, s.env)
+	}
+	var told []api.Sigma
+	for i, v := range names.Told(envs...) {
+		told = append(told, l[i].with(v))
+	}
+	return told
 }
 
-func copyPart(p api.Part) api.Part {
-	p.From, p.Sub = copyEntry(p.From), copyAll(p.Sub, copyPart)
-	return p
+// with is a signature with an environment that was told.
+func (s sigma) with(v api.Env) api.Sigma {
+	return api.Sigma{Name: strings.Clone(s.name), Env: v, Flex: slices.Clone(s.flex)}
+}
+
+// functor is a functor: its body, and the type constructors that each application makes anew.
+type functor struct {
+	name  string
+	at    api.Access
+	param sigma
+	body  *names.Env
+	anew  []int
+}
+
+// toldFunctors are functors in new memory.
+func toldFunctors(l []functor) []api.Functor {
+	var envs []*names.Env
+	for _, f := range l {
+		envs = append(envs, f.param.env, f.body)
+	}
+	var told []api.Functor
+	for i, v := range names.Told(envs...) {
+		f := l[i/2]
+		if i%2 == 0 {
+			told = append(told, api.Functor{Name: strings.Clone(f.name), At: names.CloneAccess(f.at), Param: f.param.with(v), New: slices.Clone(f.anew)})
+		} else {
+			told[i/2].Body = v
+		}
+	}
+	return told
 }

@@ -5,9 +5,10 @@ import (
 	"strings"
 
 	"kiln/api"
+	"kiln/names"
 )
 
-// The elaborator copies its whole environment whenever that is told or set. So it is given only those names for which a piece of the program can ask.
+// The elaborator copies its whole environment whenever that is told or set. So it is given only that for which a piece of the program can ask.
 
 // below are the nodes below some others, and these, in no order that matters.
 func (w *walker) below(roots ...int) []int {
@@ -27,39 +28,116 @@ func (w *walker) below(roots ...int) []int {
 	return l
 }
 
-// give gives the elaborator the names for which nodes below some others can ask, and answers how far its environment goes then.
-func (w *walker) give(roots ...int) mark {
-	met := map[string]struct{}{}
-	var names []string
-	for _, i := range w.below(roots...) {
-		name := w.nodes[i].Text
-		if path := w.nodes[i].Path; len(path) > 0 {
-			name = path[0]
-		}
-		if _, again := met[name]; !again {
-			met[name] = struct{}{}
-			names = append(names, name)
-		}
-	}
-	part := w.env.some(names)
-	w.Set(part)
-	return mark{len(part.Vals), len(part.Types), len(part.Strs)}
+// wanted is what nodes ask for by long names.
+type wanted struct {
+	whole bool     // a structure that is opened: nobody knows what is asked for in it
+	names []string // that are asked for in it, each once
+	of    map[string]*wanted
 }
 
-// take takes over what the elaborator's environment has behind a mark.
-func (w *walker) take(m mark) {
+// ask asks for a name in what is asked for.
+func (a *wanted) ask(name string) *wanted {
+	if a.of[name] == nil {
+		if a.of == nil {
+			a.of = map[string]*wanted{}
+		}
+		a.of[name] = &wanted{}
+		a.names = append(a.names, name)
+	}
+	return a.of[name]
+}
+
+// asks is all for which nodes below some others can ask.
+func (w *walker) asks(roots ...int) *wanted {
+	all := &wanted{}
+	for _, i := range w.below(roots...) {
+		a := all
+		for _, name := range w.path(i) {
+			a = a.ask(name)
+		}
+		a.whole = a.whole || w.nodes[i].Kind == api.SName
+	}
+	return all
+}
+
+// path is the whole long name of a node.
+func (w *walker) path(i int) []string {
+	n := w.nodes[i]
+	return append(slices.Clone(n.Path), n.Text)
+}
+
+// given is how many values and types the elaborator was given.
+type given struct{ vals, types int }
+
+// give gives the elaborator that for which nodes below some others can ask.
+func (w *walker) give(roots ...int) given {
+	var part api.Env
+	all := w.asks(roots...)
+	for _, name := range all.names {
+		a := all.of[name]
+		if e, where, ok := w.env.Val(name); ok {
+			part.Vals = append(part.Vals, w.drawnEntry(where, e))
+		}
+		if t, where, ok := w.env.Typ(name); ok {
+			part.Types = append(part.Types, w.drawnTyp(where, t))
+		}
+		if s, where, ok := w.env.Str(name); ok {
+			part.Strs = append(part.Strs, w.partOf(s, where, a))
+		}
+	}
+	w.Set(part)
+	return given{len(part.Vals), len(part.Types)}
+}
+
+// partOf is a structure with what is asked for in it, and all that has a field: where something is hangs on these.
+func (w *walker) partOf(s names.Str, where names.Where, a *wanted) api.Str {
+	part := api.Str{Name: s.Name, At: s.At}
+	if a.whole {
+		part.Env = w.drawn(where, s.Env).LentThin()
+		return part
+	}
+	values, structures := s.Env.Slots()
+	for _, name := range values {
+		part.Env.Vals = append(part.Env.Vals, api.Entry{Name: name, Is: api.SExn})
+	}
+	for _, name := range a.names {
+		if e, ok := s.Val(name); ok {
+			part.Env.Vals = append(part.Env.Vals, w.drawnEntry(where, e))
+		}
+		if t, ok := s.Typ(name); ok {
+			part.Env.Types = append(part.Env.Types, w.drawnTyp(where, t))
+		}
+	}
+	for _, name := range structures {
+		inner := api.Str{Name: name}
+		if next := a.of[name]; next != nil {
+			sub, _ := s.Sub(name)
+			inner = w.partOf(sub, where, next)
+		}
+		part.Env.Strs = append(part.Env.Strs, inner)
+	}
+	return part
+}
+
+// take takes over what the elaborator's environment has behind what it was given.
+func (w *walker) take(g given) {
 	v := w.Env()
-	w.env.put(api.Env{Vals: v.Vals[m.vals:], Types: v.Types[m.types:], Strs: v.Strs[m.strs:]})
+	for _, e := range v.Vals[g.vals:] {
+		w.env.AddVal(e)
+	}
+	for _, t := range v.Types[g.types:] {
+		w.env.AddTyp(t)
+	}
 }
 
 // core goes over declarations that are the elaborator's, and does something behind each. With a fault what those ahead of it put there is taken over, too.
-func (w *walker) core(list []int, behind func()) {
-	m := w.give(list...)
-	defer func() { w.take(m) }()
+func (w *walker) core(list []int, behind func(int)) {
+	g := w.give(list...)
+	defer func() { w.take(g) }()
 	for _, i := range list {
 		w.weigh(i)
 		w.checkAt(w.Dec(i))
-		behind()
+		behind(i)
 	}
 }
 

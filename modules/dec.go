@@ -4,6 +4,7 @@ import (
 	"slices"
 
 	"kiln/api"
+	"kiln/names"
 )
 
 // root goes over the root's declarations.
@@ -14,23 +15,39 @@ func (w *walker) root(i int) {
 			w.rootCore(run)
 			continue
 		}
-		w.dec(kids[w.decl], true)
+		w.rootDec(kids[w.decl])
 		w.decl++
-		w.done = w.env.mark()
+		w.done = w.env.Mark()
 	}
 }
 
 // rootCore goes over some of the root's declarations that are the elaborator's. With a fault those ahead of it are done.
 func (w *walker) rootCore(run []int) {
-	defer func() { w.done = w.env.mark() }()
-	w.core(run, func() { w.decl++ })
+	defer func() { w.done = w.env.Mark() }()
+	w.former = former{} // the elaborator itself goes back
+	w.core(run, func(i int) {
+		w.mark(i)
+		w.decl++
+	})
+}
+
+// rootDec goes over one of the root's declarations that is not the elaborator's alone.
+func (w *walker) rootDec(i int) {
+	w.enter(i)
+	if w.nodes[i].Kind == api.DOpen { // it turns nothing
+		w.dec(i, true)
+		return
+	}
+	w.borrow(i)
+	w.dec(i, true)
+	w.repay()
 }
 
 // decs goes over declarations that are not the root's.
 func (w *walker) decs(list []int) {
 	for len(list) > 0 {
 		if run := w.run(list); len(run) > 0 {
-			w.core(run, func() {})
+			w.core(run, func(int) {})
 			list = list[len(run):]
 			continue
 		}
@@ -80,93 +97,77 @@ func (w *walker) only(i int, atRoot bool) {
 	}
 }
 
-// decOpen counts the names that are put there, ahead of the elaborator's putting them there.
+// decOpen does what the elaborator would do: that one would have to be given all that the structures say.
 func (w *walker) decOpen(i int) {
-	var opened environment
 	for _, k := range w.nodes[i].Kids {
-		s, ok := opened.str(w.path(k))
+		s, where, ok := w.env.FindStr(w.path(k))
 		if !ok {
-			s, ok = w.env.str(w.path(k))
+			w.check(k, api.ErrUnbound)
 		}
-		if !ok {
-			break // the elaborator tells the fault
-		}
-		w.count(k, size(s.Env))
-		opened.put(api.Env{Strs: s.Env.Strs})
+		s.Env = w.drawn(where, s.Env)
+		w.env.Open(s)
 	}
-	w.core([]int{i}, func() {})
-}
-
-// path is the whole long name of a node.
-func (w *walker) path(i int) []string {
-	n := w.nodes[i]
-	return append(slices.Clone(n.Path), n.Text)
 }
 
 func (w *walker) decLocal(i int) {
 	kids := w.nodes[i].Kids
-	before := w.env.mark()
+	before := w.env.Mark()
 	w.decs(w.nodes[kids[0]].Kids)
-	between := w.env.mark()
+	between := w.env.Mark()
 	w.decs(w.nodes[kids[1]].Kids)
-	second := w.env.cut(between)
-	w.env.cut(before)
-	w.env.put(second)
+	second := w.env.Cut(between)
+	w.env.Drop(before)
+	w.env.Put(second)
 }
 
 func (w *walker) decStr(i int) {
-	var envs []api.Env
+	var envs []*names.Env
 	for _, k := range w.nodes[i].Kids {
 		envs = append(envs, w.structure(w.nodes[k].Kids[0]))
 	}
 	for at, k := range w.nodes[i].Kids {
-		w.putStr(w.text(k), w.fresh(k), envs[at])
+		w.env.AddStr(names.Str{Name: w.text(k), At: w.fresh(k), Env: envs[at]})
 	}
 }
 
-// putStr puts a structure's name into the environment.
-func (w *walker) putStr(name string, at api.Access, v api.Env) {
-	w.env.put(api.Env{Strs: []api.Str{{Name: name, At: at, Env: v}}})
-}
-
 func (w *walker) decSig(i int) {
-	var made []api.Sigma
+	var made []sigma
 	for _, k := range w.nodes[i].Kids {
 		made = append(made, w.sigma(k))
 	}
 	for _, s := range made {
-		w.sigs.add(s.Name, s)
+		w.sigs.Add(s.name, s)
 	}
 }
 
 // sigma is the signature of an NSig, by its name.
-func (w *walker) sigma(i int) api.Sigma {
+func (w *walker) sigma(i int) sigma {
 	s := w.signature(w.nodes[i].Kids[0])
-	s.Name = w.text(i)
+	s.name = w.text(i)
 	return s
 }
 
 func (w *walker) decFct(i int) {
-	var made []api.Functor
+	var made []functor
 	for _, k := range w.nodes[i].Kids {
 		made = append(made, w.functor(k))
 	}
 	for _, f := range made {
-		w.functors.add(f.Name, f)
+		w.functors.Add(f.name, f)
 	}
 }
 
 // functor is the functor of an NFct.
-func (w *walker) functor(i int) api.Functor {
+func (w *walker) functor(i int) functor {
 	kids := w.nodes[i].Kids
-	f := api.Functor{Name: w.text(i), Param: w.sigma(kids[0])}
-	before, from := w.env.mark(), w.constructors()
-	w.putStr(f.Param.Name, w.fresh(kids[0]), f.Param.Env)
-	f.Body = w.structure(kids[1])
-	w.env.cut(before)
+	f := functor{name: w.text(i), param: w.sigma(kids[0])}
+	before, from := w.env.Mark(), w.constructors()
+	w.env.AddStr(names.Str{Name: f.param.name, At: w.fresh(kids[0]), Env: f.param.env})
+	f.body = w.structure(kids[1])
+	w.env.Drop(before)
 	for con := from; con < w.constructors(); con++ {
-		f.New = append(f.New, con)
+		f.anew = append(f.anew, con)
 	}
-	f.At = w.fresh(i)
+	f.at = w.fresh(i)
 	return f
 }

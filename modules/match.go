@@ -4,17 +4,15 @@ import (
 	"slices"
 
 	"kiln/api"
-	"kiln/elab"
+	"kiln/names"
 )
 
 // match matches a structure with a signature at a node, which has its parts then, and answers by what the flexible types are realized, and the realized environment.
-func (w *walker) match(node int, v api.Env, sig api.Sigma) ([]api.Scheme, api.Env) {
-	s := newStructure(api.Str{Env: v})
-	found := w.found(node, s, sig)
-	realized := w.realize(node, sig.Env, sig.Flex, found)
-	asked := newStructure(api.Str{Env: realized})
-	w.hold(node, s, asked)
-	w.parts[node] = partsOf(s, asked)
+func (w *walker) match(node int, v *names.Env, sig sigma) ([]api.Scheme, *names.Env) {
+	found := w.found(node, v, sig)
+	realized := w.realize(node, sig.env, sig.flex, found)
+	w.hold(node, v, realized, map[both]struct{}{})
+	w.setParts(node, source{from: v, asked: realized})
 	return found, realized
 }
 
@@ -24,22 +22,13 @@ type place struct {
 	name string
 }
 
-// typeAt is the type at a place in the structure.
-func (s *structure) typeAt(p place) (api.Typ, bool) {
-	in, ok := s.within(p.path)
-	if !ok {
-		return api.Typ{}, false
-	}
-	return in.typ(p.name)
-}
-
 // found are the types of a structure that stand where a signature's flexible ones stand.
-func (w *walker) found(node int, s *structure, sig api.Sigma) []api.Scheme {
-	places := w.typePlaces(sig.Env)
+func (w *walker) found(node int, v *names.Env, sig sigma) []api.Scheme {
+	places := w.typePlaces(sig.env)
 	var found []api.Scheme
-	for _, con := range sig.Flex {
+	for _, con := range sig.flex {
 		p, stands := places[con]
-		typ, ok := s.typeAt(p)
+		typ, _, ok := v.FindTyp(p.path, p.name)
 		if !stands || !ok {
 			w.check(node, api.ErrMissing)
 		}
@@ -52,17 +41,21 @@ func (w *walker) found(node int, s *structure, sig api.Sigma) []api.Scheme {
 }
 
 // typePlaces are the places of type constructors: of each that of the first type's name that has it.
-func (w *walker) typePlaces(v api.Env) map[int]place {
-	places := map[int]place{}
-	var seek func(v api.Env, path []string)
-	seek = func(v api.Env, path []string) {
-		for _, t := range v.Types {
+func (w *walker) typePlaces(v *names.Env) map[int]place {
+	places, seen := map[int]place{}, map[*names.Env]struct{}{}
+	var seek func(v *names.Env, path []string)
+	seek = func(v *names.Env, path []string) {
+		if _, again := seen[v]; again {
+			return
+		}
+		seen[v] = struct{}{}
+		for t := range v.Types() {
 			con, ok := w.constructor(t)
 			if _, met := places[con]; ok && !met {
 				places[con] = place{path, t.Name}
 			}
 		}
-		for _, s := range v.Strs {
+		for s := range v.Strs() {
 			seek(s.Env, append(slices.Clone(path), s.Name))
 		}
 	}
@@ -70,10 +63,17 @@ func (w *walker) typePlaces(v api.Env) map[int]place {
 	return places
 }
 
-// hold holds a structure against what is asked of it: types, values, structures.
-func (w *walker) hold(node int, s, asked *structure) {
-	for _, t := range asked.Env.Types {
-		typ, ok := s.typ(t.Name)
+// both is a structure's environment with that which is asked of it.
+type both struct{ has, asked *names.Env }
+
+// hold holds a structure against what is asked of it: types, values, structures; each pair once.
+func (w *walker) hold(node int, v, asked *names.Env, held map[both]struct{}) {
+	if _, again := held[both{v, asked}]; again {
+		return
+	}
+	held[both{v, asked}] = struct{}{}
+	for t := range asked.Types() {
+		typ, _, ok := v.Typ(t.Name)
 		if !ok {
 			w.check(node, api.ErrMissing)
 		}
@@ -81,21 +81,24 @@ func (w *walker) hold(node int, s, asked *structure) {
 			w.check(node, api.ErrMatch)
 		}
 	}
-	for _, e := range asked.Env.Vals {
-		w.check(node, w.holdValue(s, e))
+	for e := range asked.Vals() {
+		w.check(node, w.holdValue(v, e))
 	}
-	for _, sub := range asked.Env.Strs {
-		inner, ok := s.sub(sub.Name)
+	for s := range asked.Strs() {
+		inner, _, ok := v.Str(s.Name)
 		if !ok {
 			w.check(node, api.ErrMissing)
 		}
-		w.hold(node, inner, newStructure(sub))
+		w.hold(node, inner.Env, s.Env, held)
 	}
 }
 
 // sameCons tells whether two datatypes have constructors of the same names and schemes.
 func (w *walker) sameCons(a, b []api.Entry) bool {
-	places := lasts(a, func(e api.Entry) string { return e.Name })
+	places := map[string]int{}
+	for i, e := range a {
+		places[e.Name] = i
+	}
 	return len(a) == len(b) && !slices.ContainsFunc(b, func(e api.Entry) bool {
 		at, ok := places[e.Name]
 		return !ok || !w.sameScheme(a[at].Scheme, e.Scheme)
@@ -103,8 +106,8 @@ func (w *walker) sameCons(a, b []api.Entry) bool {
 }
 
 // holdValue is what is wrong with a structure's value for one that is asked.
-func (w *walker) holdValue(s *structure, asked api.Entry) api.Errno {
-	e, ok := s.entry(asked.Name)
+func (w *walker) holdValue(v *names.Env, asked api.Entry) api.Errno {
+	e, _, ok := v.Val(asked.Name)
 	right := true
 	switch asked.Is {
 	case api.SVar:
@@ -123,21 +126,4 @@ func (w *walker) holdValue(s *structure, asked api.Entry) api.Errno {
 		return api.ErrMatch
 	}
 	return api.OK
-}
-
-// partsOf are the parts of the structure that is asked, out of another one.
-func partsOf(s, asked *structure) []api.Part {
-	values, structures := elab.Slots(asked.Env)
-	var parts []api.Part
-	for _, name := range values {
-		e, _ := s.value(name)
-		is, _ := asked.entry(name)
-		parts = append(parts, api.Part{From: e, Exn: is.Is == api.SExn})
-	}
-	for _, name := range structures {
-		from, _ := s.sub(name)
-		to, _ := asked.sub(name)
-		parts = append(parts, api.Part{From: api.Entry{Name: from.Name, At: from.At}, Str: true, Sub: partsOf(from, to)})
-	}
-	return parts
 }

@@ -16,6 +16,7 @@ type reading struct {
 	sigs     []api.Sigma
 	functors []api.Functor
 	parts    map[int][]api.Part
+	log      []func(*reading) // what was done without a fault
 }
 
 func newReading() *reading { return &reading{Elab: elab.New()} }
@@ -34,25 +35,44 @@ func (r *reading) must(i int, e api.Errno) {
 	}
 }
 
-// program goes over a program whose nodes' lines are their numbers and 1.
+// do does something that stays.
+func (r *reading) do(f func(*reading)) {
+	f(r)
+	r.log = append(r.log, f)
+}
+
+// again is a reading of all that was done without a fault, whose next number, and number of type constructors, are those of this one: so a refused declaration has left nothing but these.
+func (r *reading) again() *reading {
+	fresh := newReading()
+	for _, f := range r.log {
+		fresh.do(f)
+	}
+	number, made := r.Fresh(), r.made()
+	fresh.do(func(r *reading) {
+		for r.Fresh() < number {
+		}
+		for r.made() < made {
+			r.Book().Con("gone", 0, api.If)
+		}
+	})
+	return fresh
+}
+
+// program goes over a program whose nodes' lines are their numbers and 1. With a fault in a declaration one number more is spent.
 func (r *reading) program(l []api.Node, root int) (line int, e api.Errno) {
 	if e := r.Begin(l, root); e != api.OK {
 		return 0, e
 	}
-	r.l, r.parts = l, map[int][]api.Part{}
-	for at, i := range l[root].Kids {
-		before := r.Env()
+	r.do(func(r *reading) {
+		r.Begin(l, root)
+		r.l, r.parts = l, map[int][]api.Part{}
+	})
+	for _, i := range l[root].Kids {
 		if line, e = r.try(i); e != api.OK {
-			r.Set(before)
-			ahead := tree.Below(l, l[root].Kids[:at]...)
-			for _, k := range tree.Below(l, i) {
-				if !slices.Contains(ahead, k) {
-					r.Note(k, api.Note{})
-					delete(r.parts, k)
-				}
-			}
+			*r = *r.again()
 			return line, e
 		}
+		r.log = append(r.log, func(r *reading) { r.dec(i, true) })
 	}
 	return 0, api.OK
 }

@@ -2,11 +2,12 @@ package modules
 
 import (
 	"kiln/api"
+	"kiln/names"
 	"kiln/types"
 )
 
 // renew is an environment in which new type constructors, which are like them, stand for some; and these.
-func (w *walker) renew(node int, v api.Env, cons []int) (api.Env, []int) {
+func (w *walker) renew(node int, v *names.Env, cons []int) (*names.Env, []int) {
 	var made []int
 	var by []api.Scheme
 	for _, con := range cons {
@@ -32,7 +33,7 @@ func (w *walker) schemeOf(node, con, arity int) api.Scheme {
 }
 
 // realize is an environment in which type schemes stand for type constructors; errors are at a node.
-func (w *walker) realize(node int, v api.Env, cons []int, by []api.Scheme) api.Env {
+func (w *walker) realize(node int, v *names.Env, cons []int, by []api.Scheme) *names.Env {
 	if len(cons) == 0 {
 		return v
 	}
@@ -40,10 +41,11 @@ func (w *walker) realize(node int, v api.Env, cons []int, by []api.Scheme) api.E
 	for at, con := range cons {
 		r.places[con] = at
 	}
-	return r.env(v)
+	m := names.Mapper{Entry: r.entry, Typ: r.typ, Made: func(v *names.Env) { w.keep(node, v) }}
+	return m.Env(v)
 }
 
-// realizer makes environments anew with type schemes in the place of type constructors.
+// realizer makes types anew with type schemes in the place of type constructors.
 type realizer struct {
 	book   *types.Book
 	cons   []int
@@ -52,28 +54,8 @@ type realizer struct {
 	fail   func(api.Errno)
 }
 
-func (r *realizer) env(v api.Env) api.Env {
-	var made api.Env
-	for _, e := range v.Vals {
-		made.Vals = append(made.Vals, r.entry(e))
-	}
-	for _, t := range v.Types {
-		made.Types = append(made.Types, r.typ(t))
-	}
-	for _, s := range v.Strs {
-		s.Env = r.env(s.Env)
-		made.Strs = append(made.Strs, s)
-	}
-	return made
-}
-
 func (r *realizer) typ(t api.Typ) api.Typ {
-	t.Scheme = r.scheme(t.Scheme)
-	var cons []api.Entry
-	for _, e := range t.Cons {
-		cons = append(cons, r.entry(e))
-	}
-	t.Cons = cons
+	t.Scheme, t.Cons = r.scheme(t.Scheme), names.CloneAll(t.Cons, r.entry)
 	return t
 }
 

@@ -4,11 +4,11 @@ import (
 	"slices"
 
 	"kiln/api"
-	"kiln/elab"
+	"kiln/names"
 )
 
 // signature goes over a signature, and answers it without a name.
-func (w *walker) signature(i int) api.Sigma {
+func (w *walker) signature(i int) sigma {
 	w.count(i, 1)
 	switch w.nodes[i].Kind {
 	case api.GName:
@@ -19,19 +19,18 @@ func (w *walker) signature(i int) api.Sigma {
 	return w.sigSpecs(i)
 }
 
-func (w *walker) sigName(i int) api.Sigma {
-	s, ok := w.sigs.find(w.nodes[i].Text)
+func (w *walker) sigName(i int) sigma {
+	s, ok := w.sigs.Find(w.nodes[i].Text)
 	if !ok {
 		w.check(i, api.ErrUnbound)
 	}
-	w.count(i, size(s.Env))
-	v, flex := w.renew(i, s.Env, s.Flex)
-	return api.Sigma{Env: v, Flex: flex}
+	v, flex := w.renew(i, w.drawn(names.Where{}, s.env), s.flex)
+	return sigma{env: v, flex: flex}
 }
 
 // sigSpecs is a GSig.
-func (w *walker) sigSpecs(i int) api.Sigma {
-	before := w.env.mark()
+func (w *walker) sigSpecs(i int) sigma {
+	before := w.env.Mark()
 	var flex []int
 	list := w.nodes[i].Kids
 	for len(list) > 0 {
@@ -43,7 +42,9 @@ func (w *walker) sigSpecs(i int) api.Sigma {
 		flex = append(flex, w.spec(list[0])...)
 		list = list[1:]
 	}
-	return api.Sigma{Env: w.env.cut(before), Flex: flex}
+	v := w.env.Cut(before)
+	w.keep(i, v)
+	return sigma{env: v, flex: flex}
 }
 
 // values are the specifications ahead of values and exceptions: none of them names something for which the others could ask.
@@ -67,7 +68,7 @@ func (w *walker) specValues(run []int) {
 			} else {
 				e.Is, e.Arg, e.Scheme.Type = api.SExn, len(w.nodes[k].Kids) > 0, w.exception(k)
 			}
-			w.env.put(api.Env{Vals: []api.Entry{e}})
+			w.env.AddVal(e)
 		}
 	}
 }
@@ -115,13 +116,13 @@ func (w *walker) spec(i int) []int {
 	case api.XStr:
 		return w.specStr(i)
 	}
-	before := w.env.mark()
-	w.core([]int{i}, func() {})
+	before := w.env.Mark()
+	w.core([]int{i}, func(int) {})
 	if w.nodes[i].Kind == api.XAlias {
 		return nil
 	}
 	var flex []int
-	for _, t := range w.env.since(before).Types {
+	for t := range w.env.Since(before).Types() {
 		con, _ := w.constructor(t)
 		flex = append(flex, con)
 	}
@@ -138,34 +139,34 @@ func (w *walker) specTypes(i int, equal api.Equality) []int {
 		w.check(k, e)
 		t, e := w.Book().Apply(con, vars...)
 		w.check(k, e)
-		w.env.put(api.Env{Types: []api.Typ{{Name: w.text(k), Scheme: api.Scheme{Vars: vars, Type: t}}}})
+		w.env.AddTyp(api.Typ{Name: w.text(k), Scheme: api.Scheme{Vars: vars, Type: t}})
 		flex = append(flex, con)
 	}
 	return flex
 }
 
 func (w *walker) specStr(i int) []int {
-	var made []api.Sigma
+	var made []sigma
 	for _, k := range w.nodes[i].Kids {
 		made = append(made, w.sigma(k))
 	}
 	var flex []int
 	for _, s := range made {
-		w.putStr(s.Name, api.Access{}, s.Env)
-		flex = append(flex, s.Flex...)
+		w.env.AddStr(names.Str{Name: s.name, Env: s.env})
+		flex = append(flex, s.flex...)
 	}
 	return flex
 }
 
-func (w *walker) sigWhere(i int) api.Sigma {
+func (w *walker) sigWhere(i int) sigma {
 	s, at := w.signature(w.nodes[i].Kids[0]), w.nodes[i].Kids[1]
 	n := w.nodes[at]
-	typ, ok := elab.FindType(s.Env, n.Path, n.Text)
+	typ, _, ok := s.env.FindTyp(n.Path, n.Text)
 	if !ok {
 		w.check(at, api.ErrUnbound)
 	}
 	con, ok := w.constructor(typ)
-	if !ok || !slices.Contains(s.Flex, con) || w.isDatatype(s.Env, con) {
+	if !ok || !slices.Contains(s.flex, con) || w.isDatatype(s.env, con) {
 		w.check(at, api.ErrWhere)
 	}
 	end := len(n.Kids) - 1
@@ -175,7 +176,7 @@ func (w *walker) sigWhere(i int) api.Sigma {
 	if !w.mayBe(con, by) {
 		w.check(at, api.ErrMatch)
 	}
-	s.Env = w.realize(at, s.Env, []int{con}, []api.Scheme{by})
-	s.Flex = slices.DeleteFunc(s.Flex, func(c int) bool { return c == con })
+	s.env = w.realize(at, s.env, []int{con}, []api.Scheme{by})
+	s.flex = slices.DeleteFunc(s.flex, func(c int) bool { return c == con })
 	return s
 }

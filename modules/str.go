@@ -2,11 +2,11 @@ package modules
 
 import (
 	"kiln/api"
-	"kiln/elab"
+	"kiln/names"
 )
 
 // structure goes over a structure, and answers its environment.
-func (w *walker) structure(i int) api.Env {
+func (w *walker) structure(i int) *names.Env {
 	w.count(i, 1)
 	switch w.nodes[i].Kind {
 	case api.SName:
@@ -21,51 +21,35 @@ func (w *walker) structure(i int) api.Env {
 	return w.strTyped(i)
 }
 
-func (w *walker) strName(i int) api.Env {
-	s, ok := w.env.str(w.path(i))
+func (w *walker) strName(i int) *names.Env {
+	s, where, ok := w.env.FindStr(w.path(i))
 	if !ok {
 		w.check(i, api.ErrUnbound)
 	}
 	w.noteAt(i, s.At)
-	w.count(i, size(s.Env))
-	return s.Env
+	return w.drawn(where, s.Env)
 }
 
-func (w *walker) strStruct(i int) api.Env {
-	before := w.env.mark()
+func (w *walker) strStruct(i int) *names.Env {
+	before := w.env.Mark()
 	w.decs(w.nodes[w.nodes[i].Kids[0]].Kids)
-	v := w.env.cut(before)
-	w.parts[i] = fields(v)
+	v := w.env.Cut(before)
+	w.keep(i, v)
+	w.setParts(i, source{made: v})
 	return v
 }
 
-// fields are the parts of a structure whose declarations put this there.
-func fields(v api.Env) []api.Part {
-	s := newStructure(api.Str{Env: v})
-	values, structures := elab.Slots(v)
-	var parts []api.Part
-	for _, name := range values {
-		e, _ := s.entry(name)
-		parts = append(parts, api.Part{From: e, Exn: e.Is == api.SExn})
-	}
-	for _, name := range structures {
-		sub := v.Strs[s.names().strs[name]]
-		parts = append(parts, api.Part{From: api.Entry{Name: sub.Name, At: sub.At}, Str: true})
-	}
-	return parts
-}
-
-func (w *walker) strLet(i int) api.Env {
+func (w *walker) strLet(i int) *names.Env {
 	kids := w.nodes[i].Kids
-	before := w.env.mark()
+	before := w.env.Mark()
 	w.decs(w.nodes[kids[0]].Kids)
 	v := w.structure(kids[1])
-	w.env.cut(before)
+	w.env.Drop(before)
 	return v
 }
 
 // strTyped is an STrans or an SOpaque.
-func (w *walker) strTyped(i int) api.Env {
+func (w *walker) strTyped(i int) *names.Env {
 	kids := w.nodes[i].Kids
 	v := w.structure(kids[0])
 	sig := w.signature(kids[1])
@@ -73,19 +57,18 @@ func (w *walker) strTyped(i int) api.Env {
 	if w.nodes[i].Kind == api.STrans {
 		return realized
 	}
-	opaque, _ := w.renew(i, sig.Env, sig.Flex)
+	opaque, _ := w.renew(i, sig.env, sig.flex)
 	return opaque
 }
 
-func (w *walker) strApp(i int) api.Env {
-	f, ok := w.functors.find(w.nodes[i].Text)
+func (w *walker) strApp(i int) *names.Env {
+	f, ok := w.functors.Find(w.nodes[i].Text)
 	if !ok {
 		w.check(i, api.ErrUnbound)
 	}
-	w.noteAt(i, f.At)
+	w.noteAt(i, f.at)
 	v := w.structure(w.nodes[i].Kids[0])
-	found, _ := w.match(i, v, f.Param)
-	w.count(i, size(f.Body))
-	body, _ := w.renew(i, w.realize(i, f.Body, f.Param.Flex, found), f.New)
+	found, _ := w.match(i, v, f.param)
+	body, _ := w.renew(i, w.realize(i, w.drawn(names.Where{}, f.body), f.param.flex, found), f.anew)
 	return body
 }

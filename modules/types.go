@@ -4,7 +4,11 @@ import (
 	"slices"
 
 	"kiln/api"
+	"kiln/names"
 )
+
+// none is where a variable might stand, but there is none.
+const none = -1
 
 // constructor is the type constructor of a type's name, if it has one.
 func (w *walker) constructor(t api.Typ) (int, bool) {
@@ -33,11 +37,15 @@ func (w *walker) variable(t int) int {
 }
 
 // isDatatype tells whether a type constructor is one of a datatype in an environment.
-func (w *walker) isDatatype(v api.Env, con int) bool {
-	return slices.ContainsFunc(v.Types, func(t api.Typ) bool {
-		c, ok := w.constructor(t)
-		return ok && c == con && len(t.Cons) > 0
-	}) || slices.ContainsFunc(v.Strs, func(s api.Str) bool { return w.isDatatype(s.Env, con) })
+func (w *walker) isDatatype(v *names.Env, con int) bool {
+	for inner := range v.Envs() {
+		for t := range inner.OwnTypes() {
+			if c, ok := w.constructor(t); ok && c == con && len(t.Cons) > 0 {
+				return true
+			}
+		}
+	}
+	return false
 }
 
 // mayBe tells whether a flexible type constructor may be realized by a scheme.
