@@ -33,6 +33,7 @@ func TestEscape(t *testing.T) {
 		{"val f = fn x => let datatype d = D in §let datatype e = E in (x = E; 1) end end", api.ELet, api.ErrEscape},
 		{"val x = let local in val r = ref nil end in §let datatype d = D in (r := [D]; 1) end end", api.ELet, api.ErrEscape},
 		{"val x = let local val q = 1 in val r = ref nil val p = q end in §let datatype d = D in (r := [D]; 1) end end", api.ELet, api.ErrEscape},
+		{"val x = let local val p = 1 val q = 2 in val z = let datatype d = D in 1 end val r = ref nil end in §let datatype d = D in (r := [D]; 1) end end", api.ELet, api.ErrEscape},
 		{"val x = let local local in val r = ref nil end in val s = r end in §let datatype d = D in (s := [D]; 1) end end", api.ELet, api.ErrEscape},
 	})
 	askTypes(t, map[string]string{

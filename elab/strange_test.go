@@ -562,3 +562,35 @@ func TestFullBook(t *testing.T) {
 		}
 	}
 }
+
+// Rule 1: environments that are made by hand so that they are in themselves, or are nested deeper than anybody asks.
+func TestEndlessEnvironments(t *testing.T) {
+	d := newDesk(t)
+	one := make([]api.Str, 1)
+	one[0] = api.Str{Name: "S", Env: api.Env{Strs: one, Vals: []api.Entry{{Name: "x", Is: api.SVar, Scheme: d.typ("int").Scheme}}}}
+	two := []api.Str{one[0], one[0]}
+	two[1].Env.Strs, two[0].Env.Strs = two, two
+	deep := api.Env{Vals: one[0].Env.Vals}
+	for range 1 << 18 {
+		deep = api.Env{Strs: []api.Str{{Name: "S", Env: deep}}, Vals: deep.Vals}
+	}
+	long := slices.Repeat([]string{"S"}, 1000)
+	for name, v := range map[string]api.Env{"one": {Strs: one}, "two": {Strs: two}, "deep": deep} {
+		if e, ok := Find(v, long, "x"); !ok || len(e.At.Path) != 1000 {
+			t.Errorf("%s: Find: %v", name, ok)
+		}
+		if s, ok := FindStr(v, long); !ok || s.Name != "S" {
+			t.Errorf("%s: FindStr: %v", name, ok)
+		}
+		FindType(v, long, "t")
+		Slots(v)
+		if e := d.e.Set(v); e != api.OK {
+			t.Errorf("%s: Set: %v", name, e)
+		}
+		if got := d.e.Env(); len(got.Strs) != len(v.Strs) {
+			t.Errorf("%s: Env: %d structures", name, len(got.Strs))
+		}
+		d.run("val y = S.x open S val z = let open S in x end")
+		d.is("y", "int")
+	}
+}

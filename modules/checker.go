@@ -50,6 +50,7 @@ type walker struct {
 	first   []int      // of each node: the first of the root's declarations that has it below it, from 1 on
 	former  former     // what the one that is gone over may have changed
 	weights []int      // of each node: at how many places it and those below it stand
+	turns   []bool     // of each node: it is, or has below it, a declaration that can turn types
 	met     []int      // of each node: the search that met it last
 	search  int        // how many searches there were
 	limit   int        // how many steps there may be
@@ -66,12 +67,13 @@ type fault struct {
 }
 
 func newWalker(c *checker, l []api.Node, root int) *walker {
-	w := &walker{checker: c, nodes: l, first: make([]int, len(l)), weights: make([]int, len(l)), met: make([]int, len(l)), limit: math.MaxInt, closed: map[*names.Env]struct{}{}}
+	w := &walker{checker: c, nodes: l, first: make([]int, len(l)), weights: make([]int, len(l)), turns: make([]bool, len(l)), met: make([]int, len(l)), limit: math.MaxInt, closed: map[*names.Env]struct{}{}}
 	c.parts = map[int]source{}
 	for _, i := range tree.Below(l, root) {
-		w.weights[i] = 1
+		w.weights[i], w.turns[i] = 1, l[i].Kind == api.DVal || l[i].Kind == api.DRec
 		for _, k := range l[i].Kids {
 			w.weights[i] = min(w.weights[i]+w.weights[k], mostPlaces+1)
+			w.turns[i] = w.turns[i] || w.turns[k]
 		}
 	}
 	if w.weights[root] > mostPlaces {
@@ -140,7 +142,7 @@ func (w *walker) enter(i int) {
 	}
 }
 
-// mark marks the nodes below a declaration of the root, and tells whether one of them stands below one ahead of it, too.
+// mark marks the nodes below a declaration of the root, and tells whether one of them that may have a note stands below one ahead of it, too.
 func (w *walker) mark(i int) bool {
 	again := false
 	todo := []int{i}
@@ -151,9 +153,14 @@ func (w *walker) mark(i int) bool {
 			w.first[k] = w.decl + 1
 			todo = append(todo, w.nodes[k].Kids...)
 		}
-		again = again || w.first[k] <= w.decl
+		again = again || w.first[k] <= w.decl && !isPlain(w.nodes[k].Kind)
 	}
 	return again
+}
+
+// isPlain tells whether nodes of a kind, with all below them, have no notes: constants and types.
+func isPlain(k api.NodeKind) bool {
+	return k >= api.NInt && k <= api.NChar || k >= api.TVar && k <= api.TArrow
 }
 
 // check ends the work with a fault at a node, if there is an error.

@@ -34,7 +34,7 @@ func (w *walker) rootCore(run []int) {
 // rootDec goes over one of the root's declarations that is not the elaborator's alone.
 func (w *walker) rootDec(i int) {
 	w.enter(i)
-	if w.nodes[i].Kind == api.DOpen { // it turns nothing
+	if !w.turns[i] {
 		w.dec(i, true)
 		return
 	}
