@@ -119,24 +119,36 @@ func (w *walker) partOf(s names.Str, where names.Where, a *wanted) api.Str {
 	return part
 }
 
-// take takes over what the elaborator's environment has behind what it was given.
-func (w *walker) take(g given) {
+// take takes over what the elaborator's environment has behind what it was given; or tells that this is more than can be told.
+func (w *walker) take(g given) api.Errno {
 	v := w.Env()
+	if len(v.Vals) < g.vals || len(v.Types) < g.types {
+		return api.ErrMany
+	}
 	for _, e := range v.Vals[g.vals:] {
 		w.env.AddVal(e)
 	}
 	for _, t := range v.Types[g.types:] {
 		w.env.AddTyp(t)
 	}
+	return api.OK
 }
 
 // core goes over declarations that are the elaborator's, and does something behind each. With a fault what those ahead of it put there is taken over, too.
 func (w *walker) core(list []int, behind func(int)) {
-	g := w.give(list...)
-	defer func() { w.take(g) }()
-	for _, i := range list {
+	g, taken := w.give(list...), false
+	defer func() {
+		if !taken {
+			w.take(g)
+		}
+	}()
+	for at, i := range list {
 		w.weigh(i)
 		w.checkAt(w.Dec(i))
+		if at == len(list)-1 {
+			taken = true
+			w.check(i, w.take(g))
+		}
 		behind(i)
 	}
 }

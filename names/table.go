@@ -43,6 +43,9 @@ func (t *Table[T]) Items() []T {
 
 func (t *Table[T]) add(r row[T]) {
 	t.index()
+	if len(t.rows) == cap(t.rows) { // twice as many: there may be millions, which the language would copy more often
+		t.rows = slices.Grow(t.rows, len(t.rows))
+	}
 	t.rows = append(t.rows, r)
 	t.link(len(t.rows) - 1)
 }
