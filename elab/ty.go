@@ -1,11 +1,10 @@
 package elab
 
 import (
-	"cmp"
 	"slices"
-	"strings"
 
 	"kiln/api"
+	"kiln/labels"
 )
 
 func (w *walker) tyVariable(i int) int {
@@ -55,48 +54,30 @@ func (w *walker) fields(nodes []int, of func(int) int) []field {
 
 // inOrder are the labels and the types of fields, as the book takes them.
 func inOrder(l []field) ([]string, []int) {
-	byLabel := func(a, b field) int { return compareLabels(a.label, b.label) }
+	byLabel := func(a, b field) int { return labels.Compare(a.label, b.label) }
 	if !slices.IsSortedFunc(l, byLabel) {
 		slices.SortStableFunc(l, byLabel)
 	}
-	var labels []string
+	var names []string
 	var types []int
 	for _, f := range l {
-		labels, types = append(labels, f.label), append(types, f.t)
+		names, types = append(names, f.label), append(types, f.t)
 	}
-	return labels, types
+	return names, types
 }
 
 // record is the type of a record with these fields.
 func (w *walker) record(node int, l []field) int {
-	labels, types := inOrder(l)
-	t, e := w.book.Record(labels, types...)
+	names, types := inOrder(l)
+	t, e := w.book.Record(names, types...)
 	w.check(node, e)
 	return t
 }
 
 // openRecord is a variable for the records that have these fields at least.
 func (w *walker) openRecord(node int, l []field) int {
-	labels, types := inOrder(l)
-	t, e := w.book.Open(w.depth(), labels, types...)
+	names, types := inOrder(l)
+	t, e := w.book.Open(w.depth(), names, types...)
 	w.check(node, e)
 	return t
-}
-
-// compareLabels is below 0, 0 or above 0, as the first label stands ahead of the second one, is it, or stands behind it.
-func compareLabels(a, b string) int {
-	switch one, other := isNumber(a), isNumber(b); {
-	case one && other: // of numbers without a zero ahead the longer one is the greater one
-		return cmp.Or(cmp.Compare(len(a), len(b)), strings.Compare(a, b))
-	case one:
-		return -1
-	case other:
-		return 1
-	}
-	return strings.Compare(a, b)
-}
-
-// isNumber tells whether a label is one of digits alone, without a zero ahead.
-func isNumber(label string) bool {
-	return label != "" && label[0] != '0' && strings.Trim(label, "0123456789") == ""
 }

@@ -1,48 +1,25 @@
 package types
 
 import (
-	"cmp"
 	"slices"
 	"strconv"
 	"strings"
 
 	"kiln/api"
+	"kiln/labels"
 )
 
 // areLabels tells whether these may be the labels of so many types.
-func areLabels(labels []string, args int) bool {
-	if len(labels) != args || len(labels) > api.MaxLabels {
+func areLabels(l []string, args int) bool {
+	if len(l) != args || len(l) > api.MaxLabels {
 		return false
 	}
-	for i, s := range labels {
-		if s == "" || i > 0 && compareLabels(labels[i-1], s) >= 0 {
+	for i, s := range l {
+		if s == "" || i > 0 && labels.Compare(l[i-1], s) >= 0 {
 			return false
 		}
 	}
 	return true
-}
-
-// compareLabels is below 0, 0 or above 0, as the first label stands ahead of the second one, is it, or stands behind it.
-func compareLabels(s, t string) int {
-	switch {
-	case isNumber(s) && isNumber(t): // of numbers without a zero ahead the longer one is the greater one
-		return cmp.Or(cmp.Compare(len(s), len(t)), strings.Compare(s, t))
-	case isNumber(s):
-		return -1
-	case isNumber(t):
-		return 1
-	}
-	return strings.Compare(s, t)
-}
-
-// isNumber tells whether a label, which is not empty, is one of digits alone, without a zero ahead.
-func isNumber(label string) bool {
-	for i := range len(label) {
-		if label[i] < '0' || label[i] > '9' {
-			return false
-		}
-	}
-	return label[0] != '0'
 }
 
 // isTuple tells whether a type is a record with the labels 1 to n, n at least 2.
@@ -68,7 +45,7 @@ func joined(x, y api.Type) (fields, [][2]int) {
 	var twice [][2]int
 	i, k := 0, 0
 	for i < len(x.Labels) && k < len(y.Labels) {
-		order := compareLabels(x.Labels[i], y.Labels[k])
+		order := labels.Compare(x.Labels[i], y.Labels[k])
 		if order == 0 {
 			twice = append(twice, [2]int{x.Args[i], y.Args[k]})
 		}
