@@ -1,4 +1,4 @@
-// Package values is what layers 11, 13 and 15 have in common about runs: values, the primitives, and the steps that are counted.
+// Package values is what layers 11, 12, 13 and 15 have in common about runs: values, the primitives, and the steps that are counted.
 package values
 
 // Value is an Int, a Real, a Text, a Tuple, a *Con, a *Cell, or a function, of a type of the evaluator's own.

@@ -1,4 +1,4 @@
-// Package vars is what layers 11, 13 and 15 have in common about variables: which ones are free in a node, and what they are bound to in a run.
+// Package vars is what layers 11, 12, 13 and 15 have in common about variables: which ones are free in a node, and what they are bound to in a run.
 package vars
 
 import "slices"
