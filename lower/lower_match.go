@@ -242,6 +242,9 @@ func (l *lowerer) part(p int, of, other func() int, list []around) []around {
 	if key, ok := l.alone(p); ok {
 		return append(list, l.test(of(), key, other))
 	}
+	if len(list) > api.MaxNodes { // each makes a node
+		panic(full{})
+	}
 	v := l.nameOf(p)
 	return l.pattern(p, v, other, append(list, l.let(v, of())))
 }

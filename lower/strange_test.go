@@ -289,7 +289,7 @@ func TestStrange(t *testing.T) {
 // Rule 1: trees without notes and parts, whose nodes stand at more places than anybody could go to.
 func TestStrangeTrees(t *testing.T) {
 	t.Parallel()
-	const n = 3000
+	const n = 1500
 	bare := func(h *hand, root int) {
 		t.Helper()
 		heldStrange(t, []api.Unit{{Nodes: h.l, Root: root, Notes: make([]api.Note, len(h.l)), Parts: make([][]api.Part, len(h.l))}}, api.MaxRun)
@@ -310,6 +310,12 @@ func TestStrangeTrees(t *testing.T) {
 	}
 	bare(h, h.decs(h.val(p, e)))
 	bare(h, h.decs(h.val(h.put(api.PWild, ""), h.put(api.EApp, "", h.fn(p, e), e))))
+	h = &hand{}
+	e, p = h.put(api.EName, "x"), h.put(api.PName, "x")
+	for range n {
+		e, p = h.pair(api.ERecord, e, e), h.put(api.PAs, "x", h.pair(api.PRecord, p, p))
+	}
+	bare(h, h.decs(h.val(p, e)))
 	h = &hand{}
 	e, p = h.put(api.NInt, "1"), h.put(api.NInt, "1")
 	for range n {
