@@ -104,7 +104,11 @@ func partsIn(l []api.Part) int {
 func showOutcome(o api.Outcome) string {
 	s := map[api.Status]string{api.Done: "done", api.Uncaught: "uncaught", api.OutOfFuel: "out of fuel", api.Stuck: "stuck"}[o.Status]
 	var out []string
-	for _, x := range o.Out {
+	for i, x := range o.Out {
+		if i > 200 {
+			out = append(out, "and "+strconv.Itoa(len(o.Out)-i))
+			break
+		}
 		if len(x) > 50 {
 			x = x[:50] + ".. " + strconv.Itoa(len(x))
 		}
@@ -139,7 +143,29 @@ func does(t testing.TB, l []api.Unit, want string, input ...string) api.Outcome 
 		t.Errorf("lowered: %s, %d; want %s", got, e, want)
 	}
 	held(t, l, p, input, api.MaxRun)
+	if p, ok := lowersApart(t, l); ok {
+		if b, e := lambda.Run(p, input, 1<<26); e != api.OK || showOutcome(b) != want {
+			t.Errorf("lowered apart: %s, %d; want %s", showOutcome(b), e, want)
+		}
+		held(t, l, p, input, api.MaxRun)
+	}
 	return o
+}
+
+// lowersApart is the program that units would be, if nodes stood at several places; false, if there is no room, which is where there are many.
+func lowersApart(t testing.TB, l []api.Unit) (api.Lambda, bool) {
+	t.Helper()
+	p, e := written(newUnits(l), (*writer).programApart)
+	if e == api.ErrMany && size(l) > mostSafe {
+		return p, false
+	}
+	if checked := lambda.Check(p); e != api.OK || checked != api.OK {
+		t.Fatalf("apart: %d of %d nodes and parts; Check: %d", e, size(l), checked)
+	}
+	if len(p.Nodes) > 32*size(l)+200 {
+		t.Errorf("apart: %d nodes of %d", len(p.Nodes), size(l))
+	}
+	return p, true
 }
 
 // takes fails the test, if a text does something else, or in another number of steps, or with another fuel otherwise than it must.

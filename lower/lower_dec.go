@@ -1,114 +1,51 @@
 package lower
 
-import (
-	"iter"
-	"slices"
-
-	"kiln/api"
-)
+import "kiln/api"
 
 // decs are the declarations of an NDecs, around what is in their scope.
 func (l *lowerer) decs(i int) around {
-	made, ok := l.decsDone[i]
-	if !ok {
-		made = l.list(l.kids(i))
-		l.decsDone[i] = made
-	}
-	return made
-}
-
-// list are declarations, one behind the other. Of one that stands there many times on end only the last time says something to what is in its scope. For those that do nothing steps are counted, if they are many.
-func (l *lowerer) list(decs []int) around {
 	var all []around
-	idle := 0
-	for i, times := range runs(decs) {
-		if l.isIdle(i) {
-			idle += times
-			continue
-		}
-		made := l.dec(i)
-		if times > 1 {
-			all = append(all, l.ahead(l.repeat(made(l.zero), times-1)))
-		}
-		all = append(all, made)
-	}
-	if idle >= manyIdle {
-		all = append(all, l.ahead(l.repeat(l.zero, idle/manyIdle)))
+	for _, k := range l.kids(i) {
+		all = append(all, l.dec(k))
 	}
 	return inside(all)
 }
 
-// manyIdle is how many declarations that do nothing, each of which is a step, go together: no more than what a program may be faster by.
-const manyIdle = 64
-
-// isIdle tells whether a declaration does nothing.
-func (l *lowerer) isIdle(i int) bool {
-	switch l.Nodes[i].Kind {
-	case api.DVal, api.DLocal:
-		return false
-	}
-	return !l.binds[i]
-}
-
-// runs are the numbers of a list, each with how often it stands there on end.
-func runs(l []int) iter.Seq2[int, int] {
-	return func(yield func(int, int) bool) {
-		for len(l) > 0 {
-			times := slices.IndexFunc(l, func(i int) bool { return i != l[0] })
-			if times < 0 {
-				times = len(l)
-			}
-			if !yield(l[0], times) {
-				return
-			}
-			l = l[times:]
-		}
-	}
-}
-
 // dec is a declaration around what is in its scope.
 func (l *lowerer) dec(i int) around {
-	made, ok := l.decsDone[i]
-	if !ok {
-		made = l.newDec(i)
-		l.decsDone[i] = made
-	}
-	return made
-}
-
-func (l *lowerer) newDec(i int) around {
+	kids := l.kids(i)
 	switch l.Nodes[i].Kind {
 	case api.DVal:
-		return l.bindings(i)
+		return l.bindings(kids)
 	case api.DRec:
-		return l.functions(i)
+		return l.functions(kids)
 	case api.DExn:
-		return l.exceptions(i)
+		return l.exceptions(kids)
 	case api.DLocal:
-		return l.local(i)
+		return inside([]around{l.decs(kids[0]), l.decs(kids[1])})
 	case api.DStr:
-		return l.structures(i)
+		return l.structures(kids)
+	case api.DFct:
+		return l.functors(kids)
 	}
-	return l.functors(i)
+	return inside(nil)
 }
 
 // bindings is a DVal: all expressions, then all patterns.
-func (l *lowerer) bindings(i int) around {
+func (l *lowerer) bindings(binds []int) around {
 	var list []around
-	var asked []asking
-	for k, times := range runs(l.kids(i)) {
+	var all []asking
+	for _, k := range binds {
 		p, of := l.kids(k)[0], l.exp(l.kids(k)[1])
 		if l.tests[p] == 0 && !l.binds[p] {
-			list = append(list, l.ahead(l.repeat(of, times)))
+			list = append(list, l.ahead(of))
 			continue
 		}
-		for range times {
-			v := l.nameOf(p)
-			list = append(list, l.let(v, of))
-			asked = append(asked, asking{p, v})
-		}
+		v := l.nameOf(p)
+		list = append(list, l.let(v, of))
+		all = append(all, asking{p, v})
 	}
-	for _, a := range asked {
+	for _, a := range all {
 		list = l.pattern(a.pattern, a.of, func() int { return l.raiseCode(api.XBind) }, list)
 	}
 	return inside(list)
@@ -118,9 +55,9 @@ func (l *lowerer) bindings(i int) around {
 type asking struct{ pattern, of int }
 
 // functions is a DRec.
-func (l *lowerer) functions(i int) around {
+func (l *lowerer) functions(binds []int) around {
 	var names, made []int
-	for _, k := range l.kids(i) {
+	for _, k := range binds {
 		name, function := l.body(l.kids(k)[0]), l.body(l.kids(k)[1])
 		if l.Nodes[function].Kind != api.EFn {
 			return l.ahead(l.stuck())
@@ -128,15 +65,13 @@ func (l *lowerer) functions(i int) around {
 		names = append(names, l.number(l.Notes[name].At.Id))
 		made = append(made, l.exp(function))
 	}
-	return func(body int) int {
-		return l.put(api.Term{Kind: api.LFix, Vars: slices.Clone(names), Args: append(slices.Clone(made), body)})
-	}
+	return func(body int) int { return l.put(api.Term{Kind: api.LFix, Vars: names, Args: append(made, body)}) }
 }
 
 // exceptions is a DExn.
-func (l *lowerer) exceptions(i int) around {
+func (l *lowerer) exceptions(names []int) around {
 	var list []around
-	for _, k := range l.kids(i) {
+	for _, k := range names {
 		if n := l.Nodes[k]; n.Kind == api.NCon {
 			list = append(list, l.let(l.number(l.Notes[k].At.Id), l.exnName(n.Text)))
 		}
@@ -144,32 +79,19 @@ func (l *lowerer) exceptions(i int) around {
 	return inside(list)
 }
 
-// local is a DLocal.
-func (l *lowerer) local(i int) around {
-	kids := l.kids(i)
-	first, second := l.decs(kids[0]), l.decs(kids[1])
-	if slices.Equal(l.kids(kids[0]), l.kids(kids[1])) {
-		first = l.ahead(first(l.zero))
-	}
-	if l.binds[i] {
-		return inside([]around{first, second})
-	}
-	return l.ahead(first(second(l.zero)))
-}
-
 // structures is a DStr.
-func (l *lowerer) structures(i int) around {
+func (l *lowerer) structures(named []int) around {
 	var list []around
-	for _, k := range l.kids(i) {
+	for _, k := range named {
 		list = append(list, l.let(l.number(l.Notes[k].At.Id), l.structure(l.kids(k)[0])))
 	}
 	return inside(list)
 }
 
 // functors is a DFct.
-func (l *lowerer) functors(i int) around {
+func (l *lowerer) functors(named []int) around {
 	var list []around
-	for _, k := range l.kids(i) {
+	for _, k := range named {
 		kids := l.kids(k)
 		made := l.fn(l.number(l.Notes[kids[0]].At.Id), l.structure(kids[1]))
 		list = append(list, l.let(l.number(l.Notes[k].At.Id), made))

@@ -6,31 +6,15 @@ import (
 	"kiln/api"
 )
 
-// lowerer lowers a unit. A node that stands at several places is lowered once, as far as what stands around it says nothing of it.
+// lowerer lowers a unit of which each node stands at one place.
 type lowerer struct {
 	*writer
 	*unit
 	facts
-	done      map[int]int    // of expressions and structures
-	decsDone  map[int]around // of declarations, and of NDecs
-	questions map[int]int    // of patterns
-}
-
-func newLowerer(w *writer, u *unit) *lowerer {
-	return &lowerer{w, u, factsOf(u), map[int]int{}, map[int]around{}, map[int]int{}}
 }
 
 // exp is an expression's node.
 func (l *lowerer) exp(i int) int {
-	at, ok := l.done[i]
-	if !ok {
-		at = l.newExp(i)
-		l.done[i] = at
-	}
-	return at
-}
-
-func (l *lowerer) newExp(i int) int {
 	kids := l.kids(i)
 	switch l.Nodes[i].Kind {
 	case api.EName:
@@ -55,61 +39,7 @@ func (l *lowerer) newExp(i int) int {
 }
 
 // at is what is at an Access.
-func (l *lowerer) at(a api.Access) int { return l.along(l.named(a.Id), a.Path) }
-
-// meaning is what a name stands for; at tells what is at an Access.
-func (l *lowerer) meaning(n api.Note, at func(api.Access) int) int {
-	switch {
-	case n.Is == api.SVar:
-		return at(n.At)
-	case n.Is == api.SCon && !n.Arg:
-		return l.int(int64(n.Tag))
-	case n.Is == api.SExn && !n.Arg:
-		return l.tuple(at(n.At), l.zero)
-	case n.Is == api.SPrim:
-		return l.primitive(n)
-	case n.Is == api.SCon || n.Is == api.SExn:
-		return l.fn(argument, l.make(n, at, func() int { return l.of(argument) }))
-	}
-	return l.stuck()
-}
-
-// make makes something with a constructor or an exception that takes an argument.
-func (l *lowerer) make(n api.Note, at func(api.Access) int, arg func() int) int {
-	switch {
-	case n.Is == api.SExn:
-		name := at(n.At)
-		return l.tuple(name, arg())
-	case n.Con == api.ConRef:
-		return l.do("ref", arg())
-	}
-	return l.con(n.Tag, arg())
-}
-
-// primitive is a function that does a primitive.
-func (l *lowerer) primitive(n api.Note) int {
-	place, ok := l.prims[prim{n.Name, n.Con}]
-	if !ok {
-		return l.stuck()
-	}
-	args := []int{l.of(argument)}
-	if takes := l.takes[place]; takes > 1 {
-		args = nil
-		for k := range takes {
-			args = append(args, l.field(k, l.of(argument)))
-		}
-	}
-	return l.fn(argument, l.doing(place, args))
-}
-
-// doing does a primitive. What exn makes is a packet, since of its type are packets alone.
-func (l *lowerer) doing(place int, args []int) int {
-	done := l.prim(place, args...)
-	if place == l.prims[prim{"exn", -1}] {
-		return l.tuple(done, l.zero)
-	}
-	return done
-}
+func (l *lowerer) at(a api.Access) int { return l.along(l.boundTo(a.Id), a.Path) }
 
 // record is a record: its fields in the order in which they stand, then the tuple.
 func (l *lowerer) record(i int) int {

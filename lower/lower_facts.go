@@ -1,30 +1,53 @@
 package lower
 
-import "kiln/api"
+import (
+	"slices"
+
+	"kiln/api"
+)
+
+// placesOf is at how many places each node of a unit stands that is begun, or is a part of one that is.
+func placesOf(u *unit) []int {
+	places := make([]int, u.Root+1)
+	places[u.Root] = 1
+	for i := u.Root; i >= 0; i-- {
+		if places[i] == 0 {
+			continue
+		}
+		for _, k := range u.begun(i) {
+			places[k]++
+		}
+	}
+	return places
+}
+
+// begun are a node's kids without types, signatures, and what is in declarations that do nothing.
+func (u *unit) begun(i int) []int {
+	kids := u.kids(i)
+	switch u.Nodes[i].Kind {
+	case api.ETyped, api.PTyped, api.STrans, api.SOpaque:
+		return kids[:1]
+	case api.DType, api.DData, api.DCopy, api.DOpen, api.DSig, api.NCon, api.NSame, api.NSig:
+		return nil
+	}
+	return kids
+}
+
+// hasRepeats tells whether a node of a unit stands at several places.
+func hasRepeats(u *unit) bool {
+	return slices.ContainsFunc(placesOf(u), func(n int) bool { return n > 1 })
+}
 
 // facts are what is known of a unit's nodes ahead of lowering them.
 type facts struct {
-	uses  []int  // at how many places a node stands
-	tests []int  // how many tests a pattern makes that may fail, each as often as it is made
-	binds []bool // a pattern or a declaration binds a variable
+	tests []int  // how many tests a pattern makes that may fail
+	binds []bool // a pattern binds a variable
 }
 
-// mostTests is up to how many tests are counted.
-const mostTests = 1 << 30
-
 func factsOf(u *unit) facts {
-	size := u.Root + 1
-	f := facts{make([]int, size), make([]int, size), make([]bool, size)}
-	f.uses[u.Root] = 1
-	for i := u.Root; i >= 0; i-- {
-		if f.uses[i] > 0 {
-			for _, k := range u.kids(i) {
-				f.uses[k]++
-			}
-		}
-	}
-	for i := range size {
-		if f.uses[i] > 0 {
+	f := facts{make([]int, u.Root+1), make([]bool, u.Root+1)}
+	for i, n := range placesOf(u) {
+		if n > 0 {
 			f.learn(u, i)
 		}
 	}
@@ -35,9 +58,9 @@ func factsOf(u *unit) facts {
 func (f *facts) learn(u *unit, i int) {
 	f.tests[i], f.binds[i] = ownTests(u, i), bindsItself(u, i)
 	switch k := u.Nodes[i].Kind; {
-	case k >= api.PWild && k <= api.PAs, k == api.NField, k == api.NBind, k == api.NDecs, k == api.DVal, k == api.DLocal:
-		for _, kid := range u.kids(i) {
-			f.tests[i] = min(f.tests[i]+f.tests[kid], mostTests)
+	case k >= api.PWild && k <= api.PAs, k == api.NField:
+		for _, kid := range u.begun(i) {
+			f.tests[i] += f.tests[kid]
 			f.binds[i] = f.binds[i] || f.binds[kid]
 		}
 	}
@@ -57,19 +80,8 @@ func ownTests(u *unit, i int) int {
 	return 0
 }
 
-// bindsItself tells whether a node binds a variable, whatever is below it.
+// bindsItself tells whether a pattern is a variable, or has one besides.
 func bindsItself(u *unit, i int) bool {
-	switch u.Nodes[i].Kind {
-	case api.PName:
-		return u.Notes[i].Is == api.SVar
-	case api.PAs, api.DRec, api.DStr, api.DFct:
-		return true
-	case api.DExn:
-		for _, k := range u.kids(i) {
-			if u.Nodes[k].Kind == api.NCon {
-				return true
-			}
-		}
-	}
-	return false
+	k := u.Nodes[i].Kind
+	return k == api.PAs || k == api.PName && u.Notes[i].Is == api.SVar
 }

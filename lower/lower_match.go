@@ -8,25 +8,14 @@ import (
 	"kiln/values"
 )
 
-// row is a rule, and how often it stands again behind it and ahead of the next one: there it matches nothing any more.
-type row struct{ rule, again int }
-
-// rows are rules, up to the first that matches all.
-func (l *lowerer) rows(rules []int) []row {
-	var rows []row
-	met := map[int]struct{}{}
-	for _, r := range rules {
-		if _, ok := met[r]; ok {
-			rows[len(rows)-1].again++
-			continue
-		}
-		met[r] = struct{}{}
-		rows = append(rows, row{rule: r})
+// tried are rules, up to the first that matches all.
+func (l *lowerer) tried(rules []int) []int {
+	for i, r := range rules {
 		if l.tests[l.kids(r)[0]] == 0 {
-			break
+			return rules[:i+1]
 		}
 	}
-	return rows
+	return rules
 }
 
 // other is what is done where a pattern does not match.
@@ -53,12 +42,8 @@ func made(at int) other { return other{node: func() int { return at }} }
 func (l *lowerer) rules(v int, rules []int, behind func() int) int {
 	next := other{once(behind), true}
 	var ahead branches // of the rules ahead of next, the last one first
-	for _, r := range slices.Backward(l.rows(rules)) {
-		if r.again > 0 { // one that is tried in vain counts steps, too
-			next = made(l.ahead(l.repeat(l.zero, r.again))(l.branch(v, ahead, next).node()))
-			ahead = branches{}
-		}
-		kids := l.kids(r.rule)
+	for _, r := range slices.Backward(l.tried(rules)) {
+		kids := l.kids(r)
 		if key, count, ok := l.onlyKey(kids[0]); ok {
 			body := inside(l.within(kids[0], v, nil, nil))(l.exp(kids[1]))
 			ahead = branches{append(ahead.keys, key), append(ahead.bodies, body), count}
@@ -156,11 +141,8 @@ func (l *lowerer) onlyKey(p int) (key api.Key, count int, ok bool) {
 
 // key is the key for which the core of a pattern asks itself; and how many there can be, or 0.
 func (l *lowerer) key(core int) (api.Key, int, bool) {
-	switch c := l.constant(core).(type) {
-	case values.Int:
-		return api.Key{Kind: api.KeyInt, Int: int64(c)}, 0, true
-	case values.Text:
-		return api.Key{Kind: api.KeyStr, Text: string(c)}, 0, true
+	if key, ok := keyOf(l.constant(core)); ok {
+		return key, 0, true
 	}
 	name := l.nameIn(core)
 	n := l.Notes[name]
@@ -171,6 +153,17 @@ func (l *lowerer) key(core int) (api.Key, int, bool) {
 		return api.Key{Kind: api.KeyInt, Int: int64(n.Tag)}, n.Count, true
 	}
 	return api.Key{Kind: api.KeyCon, Int: int64(n.Tag)}, n.Count, true
+}
+
+// keyOf is the key that asks for a constant.
+func keyOf(constant values.Value) (api.Key, bool) {
+	switch c := constant.(type) {
+	case values.Int:
+		return api.Key{Kind: api.KeyInt, Int: int64(c)}, true
+	case values.Text:
+		return api.Key{Kind: api.KeyStr, Text: string(c)}, true
+	}
+	return api.Key{}, false
 }
 
 func isTrue() api.Key { return api.Key{Kind: api.KeyInt, Int: 1} }
@@ -220,30 +213,13 @@ func (l *lowerer) name(p, v int, list []around) []around {
 	return append(list, l.let(x, l.of(v)))
 }
 
-// carried is that with which the constructor or exception of a note made something.
-func (l *lowerer) carried(n api.Note, of int) int {
-	switch {
-	case n.Is == api.SExn:
-		return l.field(1, of)
-	case n.Con == api.ConRef:
-		return l.do("!", of)
-	}
-	return l.field(0, of)
-}
-
 // part matches a part with its pattern.
 func (l *lowerer) part(p int, of, other func() int, list []around) []around {
-	switch {
-	case l.tests[p] == 0 && !l.binds[p]:
+	if l.tests[p] == 0 && !l.binds[p] {
 		return list
-	case l.tests[p] > 1 && !l.binds[p] && l.uses[p] > 1: // written out at each of its places it might be too large
-		return append(list, l.test(l.apply(l.question(p), of()), isTrue(), other))
 	}
 	if key, ok := l.alone(p); ok {
 		return append(list, l.test(of(), key, other))
-	}
-	if len(list) > api.MaxNodes { // each makes a node
-		panic(full{})
 	}
 	v := l.nameOf(p)
 	return l.pattern(p, v, other, append(list, l.let(v, of())))
@@ -257,16 +233,4 @@ func (l *lowerer) alone(p int) (api.Key, bool) {
 	}
 	key, _, ok := l.key(core)
 	return key, ok
-}
-
-// question is a function that tells of what it is applied to whether it matches a pattern that binds nothing.
-func (l *lowerer) question(p int) int {
-	f, ok := l.questions[p]
-	if !ok {
-		v := l.fresh()
-		no := func() int { return l.zero }
-		f = l.fn(v, inside(l.pattern(p, v, no, nil))(l.int(1)))
-		l.questions[p] = f
-	}
-	return f
 }

@@ -1,24 +1,22 @@
 package lower
 
 import (
+	"slices"
+
 	"kiln/api"
-	"kiln/lambda"
 )
 
 // lowered is units as a program of the small language.
 func lowered(l []api.Unit) (api.Lambda, api.Errno) {
-	p, e := written(l, nil)
-	if e != api.OK {
-		return api.Lambda{}, e
+	units := newUnits(l)
+	if slices.ContainsFunc(units, hasRepeats) {
+		return written(units, (*writer).programApart)
 	}
-	if free := lambda.Free(p.Nodes, p.Root); len(free) > 0 { // only where nodes stand at several places, so that a note says something of but one of these
-		return written(l, free)
-	}
-	return p, api.OK
+	return written(units, (*writer).program)
 }
 
-// written writes units, if there is room; to some variables nothing is bound, somewhere.
-func written(l []api.Unit, unbound []int) (p api.Lambda, e api.Errno) {
+// written writes units, if there is room.
+func written(units []*unit, write func(w *writer, units []*unit) int) (p api.Lambda, e api.Errno) {
 	defer func() {
 		switch r := recover().(type) {
 		case nil:
@@ -28,17 +26,20 @@ func written(l []api.Unit, unbound []int) (p api.Lambda, e api.Errno) {
 			panic(r)
 		}
 	}()
-	w := newWriter(unbound)
-	var all []around
-	for _, u := range newUnits(l) {
-		all = append(all, newLowerer(w, u).decs(u.Root))
-	}
-	root := w.walking(inside(all)(w.zero))
-	for _, v := range unbound {
-		root = w.let(v, w.con(absent, w.zero))(root)
-	}
+	w := newWriter()
+	root := w.walking(write(w, units))
 	for i, name := range exceptions() {
 		root = w.let(api.XBind+i, w.exnName(name))(root)
 	}
 	return api.Lambda{Nodes: w.nodes, Root: root}, api.OK
+}
+
+// program is what units do, one behind the other.
+func (w *writer) program(units []*unit) int {
+	var all []around
+	for _, u := range units {
+		l := lowerer{w, u, factsOf(u)}
+		all = append(all, l.decs(u.Root))
+	}
+	return inside(all)(w.zero)
 }

@@ -23,38 +23,51 @@ const (
 	whole    = 9 // a structure of which parts are taken
 	argument = 10
 	walker   = 11 // the function that goes along paths
-	last     = walker
-)
 
-// absent is the tag of what is bound to variables that nothing was bound to; no datatype has as many constructors.
-const absent = api.MaxTag
+	// Of nodes that stand at several places:
+	environment = 12
+	asked       = 13 // the value of which patterns are asked
+	result      = 14
+	cells       = 15
+
+	// The functions that go along lists:
+	named    = 16
+	placed   = 17
+	rest     = 18
+	taken    = 19
+	declared = 20
+	found    = 21
+	filled   = 22
+	matched  = 23
+	gathered = 24
+	boundAll = 25
+	renewed  = 26
+
+	last = renewed
+)
 
 // writer writes a program of the small language.
 type writer struct {
 	nodes   []api.Term
 	prims   map[prim]int
-	takes   []int            // of each primitive: how many values it takes
-	numbers map[int]int      // of the variables that units name
-	given   int              // the last number that was given out
-	vars    map[int]int      // of each variable its LVar
-	hops    map[hop]int      // of each field its LField
-	raises  map[int]int      // of each exception's number the node that raises it
-	unbound map[int]struct{} // the variables to which nothing is bound, somewhere
-	steps   [width + 1]bool  // which fields stand on the way of long paths
-	far     bool             // there are long paths
-	zero    int              // the int 0
+	takes   []int           // of each primitive: how many values it takes
+	numbers map[int]int     // of the variables that units name
+	given   int             // the last number that was given out
+	vars    map[int]int     // of each variable its LVar
+	hops    map[hop]int     // of each field its LField
+	raises  map[int]int     // of each exception's number the node that raises it
+	steps   [width + 1]bool // which fields stand on the way of long paths
+	far     bool            // there are long paths
+	zero    int             // the int 0
 }
 
-func newWriter(unbound []int) *writer {
-	w := &writer{prims: primPlaces(), numbers: map[int]int{}, given: last, vars: map[int]int{}, hops: map[hop]int{}, raises: map[int]int{}, unbound: map[int]struct{}{}}
+func newWriter() *writer {
+	w := &writer{prims: primPlaces(), numbers: map[int]int{}, given: last, vars: map[int]int{}, hops: map[hop]int{}, raises: map[int]int{}}
 	for _, p := range api.Prims() {
 		w.takes = append(w.takes, p.Args)
 	}
 	for code := api.XBind; code <= api.XSubscript; code++ {
 		w.numbers[code] = code
-	}
-	for _, v := range unbound {
-		w.unbound[v] = struct{}{}
 	}
 	w.zero = w.int(0)
 	return w
@@ -95,17 +108,12 @@ func (w *writer) of(v int) int {
 	return at
 }
 
-// named is what a variable that units name is bound to; if perhaps it is to nothing, the run is stuck there.
-func (w *writer) named(id int) int {
+// boundTo is what a variable that units name is bound to.
+func (w *writer) boundTo(id int) int {
 	if id == nobody {
 		return w.zero
 	}
-	v := w.number(id)
-	at := w.of(v)
-	if _, ok := w.unbound[v]; !ok {
-		return at
-	}
-	return w.choose(at, []api.Key{{Kind: api.KeyCon, Int: absent}}, w.stuck(), at)
+	return w.of(w.number(id))
 }
 
 // stuck is where nothing can be done.
@@ -179,23 +187,6 @@ func (w *writer) do(name string, args ...int) int { return w.prim(w.prims[prim{n
 
 // ahead does something ahead of what is handed on.
 func (w *writer) ahead(of int) around { return w.let(ignored, of) }
-
-// repeat does something many times.
-func (w *writer) repeat(node, times int) int {
-	all := none
-	for {
-		if times%2 == 1 && all == none {
-			all = node
-		} else if times%2 == 1 {
-			all = w.ahead(node)(all)
-		}
-		times /= 2
-		if times == 0 {
-			return all
-		}
-		node = w.ahead(node)(node)
-	}
-}
 
 // inside is one that has all of these around what is handed on, the first one outermost.
 func inside(l []around) around {

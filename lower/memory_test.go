@@ -85,6 +85,20 @@ func TestMemory(t *testing.T) {
 		val _ = Prim.print text val _ = Prim.print text val _ = Prim.print (Prim.input ()) val _ = Prim.print (Prim.substring (text, 0, 15))
 		fun f "some text of it" = "other text" | f "other text" = text | f "third" = "x" | f (s as "fourth") = s | f _ = "fifth" val _ = Prim.print (f text) val _ = Prim.print (f (f text))
 		fun g ("some text of it", 1) = 1 | g (_, 2) = 2 | g _ = 3 val _ = g (text, 1) val _ = raise Some_long_name text`))
+	ownMemory(t, l)
+	var merged []api.Unit
+	for _, u := range l {
+		merged = append(merged, mergedUnit(u))
+	}
+	if !slices.ContainsFunc(newUnits(merged), hasRepeats) {
+		t.Fatal("no node stands at several places")
+	}
+	ownMemory(t, merged)
+}
+
+// ownMemory fails the test, if units are changed, or an answer shares memory with another value, or is kept.
+func ownMemory(t *testing.T, l []api.Unit) {
+	t.Helper()
 	input := []string{"a line of it", "a line of it", strings.Repeat("x", api.MaxString)}
 	was, lines := copiedUnits(l), slices.Clone(input)
 	o, e := Run(l, input, api.MaxRun)

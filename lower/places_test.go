@@ -53,12 +53,12 @@ func (h *hand) ends(t *testing.T, name string, root int, status api.Status, prin
 		t.Errorf("%s: %d, %d, %d printed; want %d, %d", name, e, o.Status, len(o.Out), status, printed)
 	}
 	p := lowers(t, l)
-	if b, _ := lambda.Run(p, nil, 1<<22); status != api.OutOfFuel && !alike(o, b) || !begins(o, b) {
+	if b, _ := lambda.Run(p, nil, 1<<25); status != api.OutOfFuel && !alike(o, b) || !begins(o, b) {
 		t.Errorf("%s lowered: %d, %d printed", name, b.Status, len(b.Out))
 	}
 	held(t, l, p, nil, min(api.MaxRun, 2000+o.Steps/2))
 	held(t, l, p, nil, min(o.Steps, 20000))
-	if len(p.Nodes) > 16*size(l)+50 {
+	if len(p.Nodes) > 24*size(l)+200 {
 		t.Errorf("%s: %d nodes of %d", name, len(p.Nodes), size(l))
 	}
 }
@@ -72,6 +72,19 @@ func TestExpressionsTwice(t *testing.T) {
 			e = h.seq(e, e)
 		}
 		h.ends(t, strconv.Itoa(n), h.decs(h.val(h.put(api.PWild, ""), e)), api.Done, 1<<n)
+	}
+}
+
+// P12.2: functions applied to themselves.
+func TestApplicationsTwice(t *testing.T) {
+	for _, n := range []int{0, 1, 3, 8} {
+		h := &hand{}
+		decs := []int{h.val(h.put(api.PName, "f"), h.fn(h.put(api.PName, "x"), h.put(api.EName, "x")))}
+		e := h.seq(h.prints("x"), h.put(api.EName, "f"))
+		for range n {
+			e = h.put(api.EApp, "", e, e)
+		}
+		h.ends(t, strconv.Itoa(n), h.decs(append(decs, h.val(h.put(api.PWild, ""), e))...), api.Done, 1<<n)
 	}
 }
 
@@ -172,7 +185,7 @@ func TestListsOfTwo(t *testing.T) {
 		y := h.val(h.put(api.PWild, ""), h.put(api.EName, "x"))
 		l := []api.Unit{h.unit(t, h.decs(slices.Repeat([]int{x, y}, n)...))}
 		o, _ := Run(l, nil, api.MaxRun)
-		b2, _ := lambda.Run(lowers(t, l), nil, 1<<22)
+		b2, _ := lambda.Run(lowers(t, l), nil, 1<<25)
 		if !alike(o, b2) || o.Status != api.Done || len(o.Out) != n {
 			t.Errorf("%d: %s; lowered %s", n, showOutcome(o), showOutcome(b2))
 		}
@@ -209,7 +222,7 @@ func TestLocalsTwice(t *testing.T) {
 				root := h.decs(d, h.val(h.put(api.PWild, ""), h.put(api.ERecord, "")))
 				l := []api.Unit{h.unit(t, root)}
 				o, _ := Run(l, nil, api.MaxRun)
-				if p := lowers(t, l); len(p.Nodes) > 64*size(l) {
+				if p := lowers(t, l); len(p.Nodes) > 64*size(l)+200 {
 					t.Errorf("%s %d: %d nodes", name, n, len(p.Nodes))
 				}
 				h.ends(t, name+strconv.Itoa(n), root, api.Done, len(o.Out))

@@ -88,19 +88,32 @@ func TestRandom(t *testing.T) {
 func TestRandomLowered(t *testing.T) {
 	t.Parallel()
 	wholes(t, 1500, 2200, func(seed int64, text string, l []api.Unit) {
-		p := lowers(t, l)
-		o, _ := Run(l, lines(), 3000)
-		held(t, l, p, lines(), o.Steps)
-		held(t, l, p, lines(), o.Steps/2)
-		held(t, l, p, lines(), int(seed%40))
-		b, _ := lambda.Run(p, lines(), 1<<21)
-		if o.Status != api.OutOfFuel && !alike(o, b) || !begins(o, b) || b.Status == api.Stuck {
-			t.Fatalf("seed %d: %s; lowered: %s\n%s", seed, showOutcome(o), showOutcome(b), text)
-		}
-		if t.Failed() {
-			t.Fatalf("seed %d:\n%s", seed, text)
-		}
+		heldRandom(t, seed, text, l, lowers(t, l))
 	})
+}
+
+// P12.2: and so do those that they would be, if nodes stood at several places.
+func TestRandomApart(t *testing.T) {
+	t.Parallel()
+	wholes(t, 2200, 2700, func(seed int64, text string, l []api.Unit) {
+		p, _ := lowersApart(t, l)
+		heldRandom(t, seed, text, l, p)
+	})
+}
+
+func heldRandom(t *testing.T, seed int64, text string, l []api.Unit, p api.Lambda) {
+	t.Helper()
+	o, _ := Run(l, lines(), 3000)
+	held(t, l, p, lines(), o.Steps)
+	held(t, l, p, lines(), o.Steps/2)
+	held(t, l, p, lines(), int(seed%40))
+	b, _ := lambda.Run(p, lines(), 1<<21)
+	if o.Status != api.OutOfFuel && !alike(o, b) || !begins(o, b) || b.Status == api.Stuck {
+		t.Fatalf("seed %d: %s; lowered: %s\n%s", seed, showOutcome(o), showOutcome(b), text)
+	}
+	if t.Failed() {
+		t.Fatalf("seed %d:\n%s", seed, text)
+	}
 }
 
 // P12.4: with more fuel a run that ended otherwise ends the same; one out of fuel has printed a beginning.
@@ -152,6 +165,11 @@ func TestParted(t *testing.T) {
 			if !alike(p, program) {
 				t.Fatalf("seed %d in %d, lowered: %s; in one: %s", seed, len(units), showOutcome(p), showOutcome(program))
 			}
+			apart, _ := lowersApart(t, units)
+			p, _ = lambda.Run(apart, lines(), 1<<24)
+			if !alike(p, program) && program.Status != api.OutOfFuel {
+				t.Fatalf("seed %d in %d, lowered apart: %s; in one: %s", seed, len(units), showOutcome(p), showOutcome(program))
+			}
 		}
 	}
 }
@@ -170,5 +188,8 @@ func FuzzPrograms(f *testing.F) {
 			t.Fatalf("%s, %d steps, %d; want %s, %d steps", showOutcome(got), got.Steps, e, showOutcome(want), want.Steps)
 		}
 		held(t, l, lowers(t, l), lines(), fuel)
+		if p, ok := lowersApart(t, l); ok {
+			held(t, l, p, lines(), fuel)
+		}
 	})
 }

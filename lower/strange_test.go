@@ -267,6 +267,10 @@ func heldStrange(t *testing.T, l []api.Unit, fuel int) api.Status {
 	if e2 == api.OK {
 		lambda.Run(p, lines(), 10*fuel)
 	}
+	if e == api.OK {
+		p, _ = written(newUnits(l), (*writer).programApart)
+		lambda.Run(p, lines(), 10*fuel)
+	}
 	return o.Status
 }
 
@@ -274,13 +278,18 @@ func heldStrange(t *testing.T, l []api.Unit, fuel int) api.Status {
 func TestStrange(t *testing.T) {
 	t.Parallel()
 	good := sampleUnits(t)
+	var merged []api.Unit
+	for _, u := range good {
+		merged = append(merged, mergedUnit(u))
+	}
 	ends := map[api.Status]int{}
-	for seed := range int64(3000) {
+	for seed := range int64(1200) {
 		r := rand.New(rand.NewSource(seed))
 		ends[heldStrange(t, turnedUnits(r, good), 2000)]++
+		heldStrange(t, turnedUnits(r, merged), 2000)
 	}
 	for _, s := range []api.Status{0, api.Done, api.Uncaught, api.Stuck} {
-		if ends[s] < 20 {
+		if ends[s] < 8 {
 			t.Errorf("few end so: %v", ends)
 		}
 	}
