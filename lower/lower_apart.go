@@ -61,7 +61,10 @@ func (a *apart) place(u *unit) {
 		case api.NFct:
 			a.placeOne(u.Notes[u.kids(i)[0]].At.Id)
 			a.placeOne(u.Notes[i].At.Id)
-		case api.PName, api.PAs, api.NCon, api.NStr:
+		case api.NCon, api.NStr:
+			a.placeOne(u.Notes[i].At.Id)
+		}
+		if bindsItself(u, i) {
 			a.placeOne(u.Notes[i].At.Id)
 		}
 	}

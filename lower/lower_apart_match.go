@@ -89,7 +89,7 @@ func (a *apart) recordMatched(i int) int {
 	var list []element
 	places := a.patternPlaces(i)
 	for k, field := range a.patternFields(i) {
-		if places[k] < 0 || places[k] >= api.MaxLabels {
+		if isNoField(places[k]) {
 			return a.stuck()
 		}
 		a.asks[places[k]] = true

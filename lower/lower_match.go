@@ -119,8 +119,8 @@ func (l *lowerer) pattern(p, v int, other func() int, list []around) []around {
 	core := l.core(p)
 	if key, _, ok := l.key(core); ok {
 		list = append(list, l.test(l.of(v), key, other))
-	} else if name := l.nameIn(core); l.Notes[name].Is == api.SExn {
-		same := l.do("=", l.field(0, l.of(v)), l.at(l.Notes[name].At))
+	} else if n := l.asks(core); n.Is == api.SExn {
+		same := l.do("=", l.field(0, l.of(v)), l.at(n.At))
 		list = append(list, l.test(same, isTrue(), other))
 	}
 	return l.within(p, v, other, list)
@@ -144,12 +144,11 @@ func (l *lowerer) key(core int) (api.Key, int, bool) {
 	if key, ok := keyOf(l.constant(core)); ok {
 		return key, 0, true
 	}
-	name := l.nameIn(core)
-	n := l.Notes[name]
+	n := l.asks(core)
 	switch {
-	case n.Is != api.SCon || l.tests[name] == 0:
+	case n.Is != api.SCon || n.Count == 1:
 		return api.Key{}, 0, false
-	case name == core:
+	case l.Nodes[core].Kind == api.PName:
 		return api.Key{Kind: api.KeyInt, Int: int64(n.Tag)}, n.Count, true
 	}
 	return api.Key{Kind: api.KeyCon, Int: int64(n.Tag)}, n.Count, true
@@ -174,12 +173,15 @@ func cloned(k api.Key) api.Key {
 	return k
 }
 
-// nameIn is the PName of a PApp; else the node itself.
-func (l *lowerer) nameIn(p int) int {
-	if l.Nodes[p].Kind == api.PApp {
-		return l.kids(p)[0]
+// asks is the note of the name by which the core of a pattern asks. Notes of patterns that have none may say anything, which plays no part.
+func (l *lowerer) asks(core int) api.Note {
+	switch l.Nodes[core].Kind {
+	case api.PName:
+		return l.Notes[core]
+	case api.PApp:
+		return l.Notes[l.kids(core)[0]]
 	}
-	return p
+	return api.Note{}
 }
 
 // within is what a pattern does behind its own test: what it binds, and what its parts do.
@@ -195,7 +197,7 @@ func (l *lowerer) within(p, v int, other func() int, list []around) []around {
 	case api.PRecord:
 		places := l.patternPlaces(p)
 		for i, k := range l.patternFields(p) {
-			list = l.part(l.held(k), func() int { return l.field(places[i], l.of(v)) }, other, list)
+			list = l.part(l.held(k), func() int { return l.recordField(places[i], l.of(v)) }, other, list)
 		}
 	}
 	return list

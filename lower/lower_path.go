@@ -1,6 +1,10 @@
 package lower
 
-import "kiln/api"
+import (
+	"slices"
+
+	"kiln/api"
+)
 
 // Tuples may have more fields than one of the small language. So behind the first ones the next field is a tuple of all others, and likewise there.
 
@@ -32,6 +36,17 @@ func (w *writer) field(n, of int) int {
 	return w.hop(hop{n, of})
 }
 
+// recordField is a field of a record that a pattern asks.
+func (w *writer) recordField(n, of int) int {
+	if isNoField(n) {
+		return w.stuck()
+	}
+	return w.field(n, of)
+}
+
+// isNoField tells whether no record has a field at this place.
+func isNoField(place int) bool { return place < 0 || place >= api.MaxLabels }
+
 // hop is a field of a node, each once.
 func (w *writer) hop(h hop) int {
 	at, ok := w.hops[h]
@@ -47,20 +62,17 @@ const longest = 16
 
 // along is what stands in a structure where a path leads.
 func (w *writer) along(of int, path []int) int {
+	if slices.ContainsFunc(path, w.isNowhere) {
+		return w.stuck()
+	}
 	if lengthOf(path) <= longest {
 		for _, n := range path {
-			if n < 0 {
-				return w.stuck()
-			}
 			of = w.field(n, of)
 		}
 		return of
 	}
 	var text []byte
 	for _, n := range path {
-		if n < 0 || n/width > api.MaxString {
-			return w.stuck()
-		}
 		for ; n >= width; n -= width {
 			text = append(text, width)
 		}
@@ -71,6 +83,9 @@ func (w *writer) along(of int, path []int) int {
 	}
 	return of
 }
+
+// isNowhere tells whether no structure has a field of this number: each of its names stands at a node.
+func (w *writer) isNowhere(n int) bool { return n < 0 || n >= w.most }
 
 // lengthOf is how many fields must be taken along a path.
 func lengthOf(path []int) int {

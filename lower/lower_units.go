@@ -26,7 +26,7 @@ func written(units []*unit, write func(w *writer, units []*unit) int) (p api.Lam
 			panic(r)
 		}
 	}()
-	w := newWriter()
+	w := newWriter(units)
 	root := w.walking(write(w, units))
 	for i, name := range exceptions() {
 		root = w.let(api.XBind+i, w.exnName(name))(root)

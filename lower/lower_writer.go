@@ -59,10 +59,14 @@ type writer struct {
 	steps   [width + 1]bool // which fields stand on the way of long paths
 	far     bool            // there are long paths
 	zero    int             // the int 0
+	most    int             // structures have fewer fields
 }
 
-func newWriter() *writer {
+func newWriter(units []*unit) *writer {
 	w := &writer{prims: primPlaces(), numbers: map[int]int{}, given: last, vars: map[int]int{}, hops: map[hop]int{}, raises: map[int]int{}}
+	for _, u := range units {
+		w.most += len(u.Nodes)
+	}
 	for _, p := range api.Prims() {
 		w.takes = append(w.takes, p.Args)
 	}
