@@ -16,37 +16,6 @@ func parts(t api.Term) []int {
 	return t.Args
 }
 
-// madeOf tells of each node whether the root is made of it; false, if the root is no node, or one of these has a part that is not lower.
-func madeOf(p api.Lambda) ([]bool, bool) {
-	if p.Root < 0 || p.Root >= len(p.Nodes) {
-		return nil, false
-	}
-	made := make([]bool, p.Root+1)
-	made[p.Root] = true
-	for i := p.Root; i >= 0; i-- {
-		if !made[i] {
-			continue
-		}
-		for _, a := range parts(p.Nodes[i]) {
-			if a < 0 || a >= i {
-				return nil, false
-			}
-			made[a] = true
-		}
-	}
-	return made, true
-}
-
-// all tells whether something holds of all nodes of which the root is made.
-func all(l []api.Term, made []bool, holds func([]api.Term, api.Term) bool) bool {
-	for i, is := range made {
-		if is && !holds(l, l[i]) {
-			return false
-		}
-	}
-	return true
-}
-
 // isFormed tells whether a node whose parts are lower has the form of its kind; primitives are asked apart.
 func isFormed(l []api.Term, t api.Term) bool {
 	args := len(t.Args)
