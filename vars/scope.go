@@ -50,50 +50,21 @@ func (s *Scope[T]) packed() *Scope[T] {
 	var list [longest]*Scope[T]
 	n := 0
 	for b := s; b != nil && b.count > 0; b = b.next {
-		list[n] = b
-		n++
+		n = insert(&list, n, b)
 	}
-	rest := s.rest
-	for n > 0 { // the last binding of a variable counts
-		n--
-		rest = rest.with(int(list[n].name), list[n].val)
-	}
-	return &Scope[T]{rest: rest}
+	return &Scope[T]{rest: s.rest.with(list[:n])}
 }
 
-// fan is how many kids a tree's node has.
-const fan = 4
-
-// tree is bindings by their variables: that of 0 at the root, those of 1, 5, 9 and so on below its first kid as 0, 1, 2 and so on, and likewise below the others.
-type tree[T any] struct {
-	kids [fan]*tree[T]
-	val  T
-	has  bool
-}
-
-// with is a tree with one binding more; all but the nodes on the way to it are shared.
-func (t *tree[T]) with(name int, val T) *tree[T] {
-	var c tree[T]
-	if t != nil {
-		c = *t
+// insert puts a binding among others by its name, of which there are n; if its name is there, that one counts.
+func insert[T any](list *[longest]*Scope[T], n int, b *Scope[T]) int {
+	at := n
+	for at > 0 && list[at-1].name > b.name {
+		at--
 	}
-	if name == 0 {
-		c.val, c.has = val, true
-		return &c
+	if at > 0 && list[at-1].name == b.name {
+		return n
 	}
-	kid := (name - 1) % fan
-	c.kids[kid] = c.kids[kid].with((name-1)/fan, val)
-	return &c
-}
-
-// find is what a variable is bound to, and whether it is.
-func (t *tree[T]) find(name int) (T, bool) {
-	for t != nil && name > 0 {
-		t, name = t.kids[(name-1)%fan], (name-1)/fan
-	}
-	if t == nil {
-		var none T
-		return none, false
-	}
-	return t.val, t.has
+	copy(list[at+1:n+1], list[at:n])
+	list[at] = b
+	return n + 1
 }

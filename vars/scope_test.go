@@ -107,11 +107,30 @@ func TestNear(t *testing.T) {
 	if anew > 1000/longest+1 {
 		t.Errorf("%d lists", anew)
 	}
-	deep := 0
-	for x := s.rest; x != nil; x = x.kids[0] {
-		deep++
+	if s.rest.high > 3 {
+		t.Errorf("the tree has %d levels", 1+s.rest.high)
 	}
-	if deep > 6 {
-		t.Errorf("the tree is %d deep", deep)
+}
+
+// Variables may have any numbers that a list's places may have, far apart and near one another, in any order.
+func TestFarVariables(t *testing.T) {
+	r := rand.New(rand.NewSource(1))
+	var s *Scope[int]
+	want := map[int]int{}
+	for i := range 20000 {
+		n := []int{r.Intn(20), 1 << r.Intn(31), 1<<31 - 1 - r.Intn(20), r.Intn(1 << 31), 5000 + i%40}[r.Intn(5)]
+		s = s.With(n, i)
+		want[n] = i
+		if r.Intn(20) == 0 {
+			s = s.Kept()
+		}
+	}
+	for n, w := range want {
+		for _, m := range []int{n - 1, n, n + 1} {
+			val, ok := s.Find(m)
+			if x, has := want[m]; ok != has || val != x || m == n && val != w {
+				t.Fatalf("Find(%d) = %d, %v", m, val, ok)
+			}
+		}
 	}
 }
