@@ -134,3 +134,25 @@ func TestFarVariables(t *testing.T) {
 		}
 	}
 }
+
+// Variables that rise, as they do where functions are long, stay where they are when the tree becomes higher.
+func TestRisingVariables(t *testing.T) {
+	for _, first := range []int{0, 3, 60, 500, 1 << 20} {
+		var s *Scope[int]
+		want := map[int]int{}
+		for n := range 3000 {
+			s = s.With(first+n, n)
+			want[first+n] = n
+			if n%400 == 70 || n == 2999 {
+				for m, w := range want {
+					if val, ok := s.Find(m); !ok || val != w {
+						t.Fatalf("Find(%d) = %d, %v", m, val, ok)
+					}
+				}
+				if _, ok := s.Find(first + n + 1); ok {
+					t.Fatalf("Find(%d): something", first+n+1)
+				}
+			}
+		}
+	}
+}
