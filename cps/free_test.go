@@ -50,7 +50,7 @@ func TestFree(t *testing.T) {
 	}
 }
 
-// P13.2: no node, Args that are not lower, and nodes without form: what they bind, they bind in all Args that are no atoms, but functions and fixes in all.
+// P13.2: no node, Args that are not lower, and nodes without form: what they bind, they bind in all Args that are no atoms.
 func TestFreeOfStrangeNodes(t *testing.T) {
 	const x, y, haltX, haltY = 0, 1, 2, 3 // the variables 20 and 21, and moves with them
 	for name, c := range map[string]struct {
@@ -67,10 +67,16 @@ func TestFreeOfStrangeNodes(t *testing.T) {
 		"a field's moves":         {api.Flow{Kind: api.JField, N: 20, Args: []int{haltX, y, haltX, x}}, []int{20, 21}},
 		"a primitive's moves":     {api.Flow{Kind: api.JPrim, N: 20, M: -1, Args: []int{haltX, y, haltX, haltX}}, []int{21}},
 		"a tuple of nothing":      {api.Flow{Kind: api.JTuple, N: 20}, nil},
-		"a fix of atoms":          {api.Flow{Kind: api.JFix, Vars: []int{20}, Args: []int{x, y, haltX}}, []int{21}},
+		"a fix of atoms":          {api.Flow{Kind: api.JFix, Vars: []int{20}, Args: []int{x, x}}, []int{20}},
+		"a fix of one atom":       {api.Flow{Kind: api.JFix, Vars: []int{20}, Args: []int{x}}, []int{20}},
+		"a fix of moves":          {api.Flow{Kind: api.JFix, Vars: []int{20}, Args: []int{haltX, haltY, haltX}}, []int{21}},
+		"an atom where a fix has": {api.Flow{Kind: api.JFix, Vars: []int{20, 21}, Args: []int{haltX, x, haltY}}, []int{20}},
+		"an atom as what is then": {api.Flow{Kind: api.JFix, Vars: []int{20, 21}, Args: []int{haltX, haltY, y}}, []int{21}},
 		"a fix without functions": {api.Flow{Kind: api.JFix, Args: []int{x, haltY}}, []int{20, 21}},
 		"a fix of equals":         {api.Flow{Kind: api.JFix, Vars: []int{20, 20}, Args: []int{haltX}}, nil},
-		"a function of atoms":     {api.Flow{Kind: api.JFn, Vars: []int{20}, Args: []int{x, y}}, []int{21}},
+		"a function of an atom":   {api.Flow{Kind: api.JFn, Vars: []int{20}, Args: []int{x}}, []int{20}},
+		"a function of atoms":     {api.Flow{Kind: api.JFn, Vars: []int{20}, Args: []int{x, y}}, []int{20, 21}},
+		"a function of both":      {api.Flow{Kind: api.JFn, Vars: []int{20, 21}, Args: []int{haltX, y}}, []int{21}},
 		"a function of moves":     {api.Flow{Kind: api.JFn, Vars: []int{21, 21}, Args: []int{haltX, haltY}}, []int{20}},
 		"a function of nothing":   {api.Flow{Kind: api.JFn, Vars: []int{20}}, nil},
 		"a call of moves":         {api.Flow{Kind: api.JCall, N: 20, Vars: []int{20}, Args: []int{haltX, haltY}}, []int{20, 21}},
@@ -117,14 +123,15 @@ func freeModel(l []api.Flow, root int) map[int]bool {
 	for _, a := range f.Args {
 		atom := a >= 0 && a < root && l[a].Kind >= 1 && l[a].Kind <= 4
 		switch f.Kind {
-		case api.JTuple, api.JCon, api.JField, api.JPrim:
-			if atom {
-				add(a)
-			} else {
-				add(a, f.N)
+		case api.JTuple, api.JCon, api.JField, api.JPrim, api.JFix, api.JFn:
+			binds := []int{f.N}
+			if f.Kind == api.JFix || f.Kind == api.JFn {
+				binds = f.Vars
 			}
-		case api.JFix, api.JFn:
-			add(a, f.Vars...)
+			if atom {
+				binds = nil
+			}
+			add(a, binds...)
 		case api.JCall, api.JCase, api.JHalt, api.JFail, api.JGo:
 			add(a)
 		}

@@ -20,24 +20,29 @@ func Parts(f api.Flow) []int {
 	return f.Args
 }
 
-// Variables are what a node of a list has to do with variables.
+// Variables are what a node of a list has to do with variables. What binds some binds them in all its parts that are no atoms: in a node without form, too, where atoms stand in the places of functions and moves.
 func Variables(l []api.Flow, i int) vars.Node {
 	f := l[i]
 	switch f.Kind {
 	case api.JVar:
 		return vars.Node{Has: []int{f.N}}
 	case api.JTuple, api.JCon, api.JField, api.JPrim:
-		n := vars.Node{Binds: []int{f.N}}
-		for _, a := range f.Args {
-			if a >= 0 && a < i && IsAtom(l[a].Kind) {
-				n.Out = append(n.Out, a)
-			} else {
-				n.In = append(n.In, a)
-			}
-		}
-		return n
+		return binding([]int{f.N}, l, i)
 	case api.JFix, api.JFn:
-		return vars.Node{Binds: f.Vars, In: f.Args}
+		return binding(f.Vars, l, i)
 	}
 	return vars.Node{Out: Parts(f)}
+}
+
+// binding is a node that binds some variables.
+func binding(binds []int, l []api.Flow, i int) vars.Node {
+	n := vars.Node{Binds: binds}
+	for _, a := range l[i].Args {
+		if a >= 0 && a < i && IsAtom(l[a].Kind) {
+			n.Out = append(n.Out, a)
+		} else {
+			n.In = append(n.In, a)
+		}
+	}
+	return n
 }
